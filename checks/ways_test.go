@@ -1,0 +1,77 @@
+package checks
+
+import (
+	"go/ast"
+	"go/parser"
+	"go/token"
+	"path/filepath"
+	"strings"
+	"testing"
+)
+
+// TestWays: the built layers have the ways that the document's section 'Ways' says they lean on, as far as their text tells.
+func TestWays(t *testing.T) {
+	for _, c := range []struct{ layer, words string }{
+		{"ring", "variadic"},
+		{"octets", "panic recover defer assertion"},
+		{"chksum", "variadic"},
+		{"sha", "array copy"},
+	} {
+		has := waysOf(t, c.layer)
+		for _, w := range strings.Fields(c.words) {
+			if !has[w] {
+				t.Errorf("%s has no %s", c.layer, w)
+			}
+		}
+	}
+}
+
+// waysOf are the ways that a layer's files have, tests aside; what is declared at package level alone does not count.
+func waysOf(t *testing.T, layer string) map[string]bool {
+	files, err := filepath.Glob(filepath.Join("..", layer, "*.go"))
+	if err != nil || len(files) == 0 {
+		t.Fatal(err, "no files of "+layer)
+	}
+	has := map[string]bool{}
+	for _, f := range files {
+		if strings.HasSuffix(f, "_test.go") {
+			continue
+		}
+		file, err := parser.ParseFile(token.NewFileSet(), f, nil, 0)
+		if err != nil {
+			t.Fatal(err)
+		}
+		for _, d := range file.Decls {
+			if f, ok := d.(*ast.FuncDecl); ok {
+				ast.Inspect(f, func(n ast.Node) bool {
+					has[wayOf(n)] = true
+					return true
+				})
+			}
+		}
+	}
+	return has
+}
+
+// wayOf is the way that a node of a file is, or nothing.
+func wayOf(n ast.Node) string {
+	switch x := n.(type) {
+	case *ast.Ellipsis:
+		return "variadic"
+	case *ast.DeferStmt:
+		return "defer"
+	case *ast.TypeAssertExpr:
+		if x.Type != nil {
+			return "assertion"
+		}
+	case *ast.ArrayType:
+		if x.Len != nil {
+			return "array"
+		}
+	case *ast.CallExpr:
+		if f, ok := x.Fun.(*ast.Ident); ok {
+			return f.Name // of those that the language has: panic, recover, copy
+		}
+	}
+	return ""
+}
