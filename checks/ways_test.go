@@ -16,6 +16,7 @@ func TestWays(t *testing.T) {
 		{"octets", "panic recover defer assertion"},
 		{"chksum", "variadic"},
 		{"sha", "array copy"},
+		{"hmac", "array"},
 	} {
 		has := waysOf(t, c.layer)
 		for _, w := range strings.Fields(c.words) {

@@ -10,6 +10,7 @@ import (
 	"testing"
 
 	"downhaul/api"
+	"downhaul/checks"
 )
 
 // hex is bytes of numbers, so that tables are short.
@@ -40,13 +41,6 @@ func chanceAddr(chance *rand.Rand) api.Addr {
 	chance.Read(a.B[:])
 	a.Six = chance.Intn(2) == 0
 	return a
-}
-
-// chanceBytes are bytes by chance.
-func chanceBytes(chance *rand.Rand, n int) []byte {
-	b := make([]byte, n)
-	chance.Read(b)
-	return b
 }
 
 // sum is the sum, reckoned otherwise: what is added again below leaves the rest by 65535, and FFFF where that is 0 of what is not.
@@ -167,7 +161,7 @@ func TestSumByChance(t *testing.T) {
 	for range 3000 {
 		parts := make([][]byte, chance.Intn(6))
 		for i := range parts {
-			parts[i] = chanceBytes(chance, chance.Intn(40))
+			parts[i] = checks.Bytes(chance.Intn, chance.Intn(40))
 		}
 		want := sum(parts...)
 		for range 2 {
@@ -361,7 +355,7 @@ func TestLoadByChance(t *testing.T) {
 		if n < 10*len(sizes) {
 			size = sizes[n%len(sizes)]
 		}
-		src, dst, proto, load := chanceAddr(chance), chanceAddr(chance), uint8(chance.Intn(256)), chanceBytes(chance, size)
+		src, dst, proto, load := chanceAddr(chance), chanceAddr(chance), uint8(chance.Intn(256)), checks.Bytes(chance.Intn, size)
 		want := sum(pseudo(src, dst, proto, size), load)
 		if got := Load(src, dst, proto, load); got != ^want {
 			t.Fatalf("of %d bytes: %04X, not %04X", size, got, ^want)
@@ -377,7 +371,7 @@ func TestLaidIsGood(t *testing.T) {
 	chance := rand.New(rand.NewSource(34))
 	for n := range 400 {
 		src, dst, proto := chanceAddr(chance), chanceAddr(chance), uint8(chance.Intn(256))
-		load := chanceBytes(chance, 2+n%41)
+		load := checks.Bytes(chance.Intn, 2+n%41)
 		if n%10 == 0 { // nothing but 0
 			src, dst, proto, load = four(), four(), 0, make([]byte, len(load))
 		}
@@ -420,7 +414,7 @@ func TestLargeIsGood(t *testing.T) {
 	chance := rand.New(rand.NewSource(35))
 	for _, size := range []int{65534, 65535, 65536, 65537, 131073} {
 		for _, ends := range [][2]api.Addr{{four(1, 2, 3, 4), four(5, 6, 7, 8)}, {six(1), six(2)}, {four(), four()}} {
-			load := chanceBytes(chance, size)
+			load := checks.Bytes(chance.Intn, size)
 			load[16], load[17] = 0, 0
 			binary.BigEndian.PutUint16(load[16:], Load(ends[0], ends[1], 6, load))
 			if !Good(ends[0], ends[1], 6, load) {
@@ -460,7 +454,7 @@ func TestMixedUp(t *testing.T) {
 	for range 500 {
 		nums := make([][]byte, 1+chance.Intn(20))
 		for i := range nums {
-			nums[i] = chanceBytes(chance, 2)
+			nums[i] = checks.Bytes(chance.Intn, 2)
 		}
 		want, check := Sum(nums...), Check(nums...)
 		chance.Shuffle(len(nums), func(i, j int) { nums[i], nums[j] = nums[j], nums[i] })
@@ -508,7 +502,7 @@ func TestTurnIsAnew(t *testing.T) {
 	chance := rand.New(rand.NewSource(37))
 	apart := 0
 	for n := range 20000 {
-		b := chanceBytes(chance, 2*(1+chance.Intn(6)))
+		b := checks.Bytes(chance.Intn, 2*(1+chance.Intn(6)))
 		if n%4 == 0 { // few bytes but 0, so that 0 and FFFF come often
 			clear(b)
 		}

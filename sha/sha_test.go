@@ -8,37 +8,15 @@ import (
 	"slices"
 	"strings"
 	"testing"
+
+	"downhaul/checks"
 )
 
 // none is the digest of no bytes.
 const none = "da39a3ee5e6b4b0d3255bfef95601890afd80709"
 
-// chanceBytes are bytes by chance.
-func chanceBytes(chance *rand.Rand, n int) []byte {
-	b := make([]byte, n)
-	chance.Read(b)
-	return b
-}
-
 // told is a digest as hex digits.
 func told(digest [20]byte) string { return hex.EncodeToString(digest[:]) }
-
-// cut are bytes in parts by chance, some of which are nil, and some empty.
-func cut(chance *rand.Rand, b []byte) [][]byte {
-	var parts [][]byte
-	for len(b) > 0 {
-		switch chance.Intn(8) {
-		case 0:
-			parts = append(parts, nil)
-		case 1:
-			parts = append(parts, []byte{})
-		}
-		n := 1 + chance.Intn(min(len(b), 1+chance.Intn(150)))
-		parts = append(parts, b[:n])
-		b = b[n:]
-	}
-	return parts
-}
 
 // added is a Sum to which parts are added, one by one.
 func added(s Sum, parts ...[]byte) Sum {
@@ -136,7 +114,7 @@ func TestNothing(t *testing.T) {
 func TestEachLength(t *testing.T) {
 	chance := rand.New(rand.NewSource(4))
 	for n := range 64*6 + 2 {
-		for _, b := range [][]byte{make([]byte, n), bytes.Repeat([]byte{0xFF}, n), bytes.Repeat([]byte{0x80}, n), chanceBytes(chance, n)} {
+		for _, b := range [][]byte{make([]byte, n), bytes.Repeat([]byte{0xFF}, n), bytes.Repeat([]byte{0x80}, n), checks.Bytes(chance.Intn, n)} {
 			want := sha1.Sum(b)
 			if got := Of(b); got != want {
 				t.Fatalf("Of(%x) = %x, not %x", b, got, want)
@@ -197,7 +175,7 @@ func TestManyBits(t *testing.T) {
 func TestCutInTwo(t *testing.T) {
 	chance := rand.New(rand.NewSource(42))
 	for _, n := range []int{1, 2, 3, 54, 55, 56, 57, 62, 63, 64, 65, 66, 119, 120, 127, 128, 129, 183, 184, 192, 200, 256} {
-		b := chanceBytes(chance, n)
+		b := checks.Bytes(chance.Intn, n)
 		want := sha1.Sum(b)
 		for at := range n + 1 {
 			if got := Of(b[:at], b[at:]); got != want {
@@ -220,9 +198,9 @@ func TestCutInTwo(t *testing.T) {
 func TestCutByChance(t *testing.T) {
 	chance := rand.New(rand.NewSource(43))
 	for range 1500 {
-		b := chanceBytes(chance, chance.Intn(700))
+		b := checks.Bytes(chance.Intn, chance.Intn(700))
 		want := sha1.Sum(b)
-		parts := cut(chance, b)
+		parts := checks.Cut(chance.Intn, b)
 		if got := Of(parts...); got != want {
 			t.Fatalf("Of(%x) = %x, not %x", parts, got, want)
 		}
@@ -243,9 +221,9 @@ func TestSumsAreSame(t *testing.T) {
 		t.Error("New is not the zero Sum")
 	}
 	for n := range 200 {
-		b := chanceBytes(chance, n)
+		b := checks.Bytes(chance.Intn, n)
 		s := New().Add(b...)
-		if single(New(), b) != s || added(Sum{}, cut(chance, b)...) != s {
+		if single(New(), b) != s || added(Sum{}, checks.Cut(chance.Intn, b)...) != s {
 			t.Fatalf("%d bytes: not the same", n)
 		}
 	}
@@ -255,11 +233,11 @@ func TestSumsAreSame(t *testing.T) {
 func TestTwoWays(t *testing.T) {
 	chance := rand.New(rand.NewSource(45))
 	for n := range 200 {
-		b := chanceBytes(chance, n)
+		b := checks.Bytes(chance.Intn, n)
 		s := New().Add(b...)
 		copied, want := s, sha1.Sum(b)
 		for _, more := range []int{0, 1, 8, 9, 55, 56, 63, 64, 65, 130} {
-			one, other := chanceBytes(chance, more), chanceBytes(chance, more)
+			one, other := checks.Bytes(chance.Intn, more), checks.Bytes(chance.Intn, more)
 			a := s.Add(one...)
 			z := s.Add(other...)
 			further := a.Add(other...)
@@ -289,7 +267,7 @@ func TestTwoWays(t *testing.T) {
 func TestDigestTwice(t *testing.T) {
 	chance := rand.New(rand.NewSource(46))
 	for n := range 200 {
-		b, more := chanceBytes(chance, n), chanceBytes(chance, 70)
+		b, more := checks.Bytes(chance.Intn, n), checks.Bytes(chance.Intn, 70)
 		s := New().Add(b...)
 		want := sha1.Sum(b)
 		for k := range 3 {
@@ -318,7 +296,7 @@ func TestAnyOrder(t *testing.T) {
 			}
 			continue
 		}
-		more := chanceBytes(chance, chance.Intn(1+chance.Intn(100)))
+		more := checks.Bytes(chance.Intn, chance.Intn(1+chance.Intn(100)))
 		sums = append(sums, sums[at].Add(more...))
 		texts = append(texts, slices.Concat(texts[at], more))
 	}
@@ -332,7 +310,7 @@ func TestAnyOrder(t *testing.T) {
 // R4: the bytes stay as they were, also behind their ends; what stands there does not count.
 func TestBytesStay(t *testing.T) {
 	chance := rand.New(rand.NewSource(48))
-	all := chanceBytes(chance, 300)
+	all := checks.Bytes(chance.Intn, 300)
 	was := slices.Clone(all)
 	for _, n := range []int{0, 1, 20, 55, 56, 63, 64, 65, 128, 200} {
 		want := sha1.Sum(was[10 : 10+n])
@@ -350,7 +328,7 @@ func TestBytesStay(t *testing.T) {
 func TestBytesAreNotKept(t *testing.T) {
 	chance := rand.New(rand.NewSource(49))
 	for _, n := range []int{1, 20, 55, 56, 63, 64, 65, 127, 128, 130} {
-		b := chanceBytes(chance, n)
+		b := checks.Bytes(chance.Intn, n)
 		want := sha1.Sum(slices.Concat(b, b))
 		s := New().Add(b...)
 		again := s.Add(b...)

@@ -1,0 +1,28 @@
+// Package checks holds the project as a whole to the document, by its tests; and it makes what the layers' tests have in common.
+package checks
+
+// Bytes are n bytes by chance: chance(m) is a number from 0 on, less than m.
+func Bytes(chance func(m int) int, n int) []byte {
+	b := make([]byte, n)
+	for i := range b {
+		b[i] = byte(chance(256))
+	}
+	return b
+}
+
+// Cut are bytes in parts by chance, some of which are nil, and some empty.
+func Cut(chance func(m int) int, b []byte) [][]byte {
+	var parts [][]byte
+	for len(b) > 0 {
+		switch chance(8) {
+		case 0:
+			parts = append(parts, nil)
+		case 1:
+			parts = append(parts, []byte{})
+		}
+		n := 1 + chance(min(len(b), 1+chance(150)))
+		parts = append(parts, b[:n])
+		b = b[n:]
+	}
+	return parts
+}
