@@ -17,6 +17,7 @@ func TestWays(t *testing.T) {
 		{"chksum", "variadic"},
 		{"sha", "array copy"},
 		{"hmac", "array"},
+		{"aes", "array array-of-arrays literal-array"},
 	} {
 		has := waysOf(t, c.layer)
 		for _, w := range strings.Fields(c.words) {
@@ -65,8 +66,15 @@ func wayOf(n ast.Node) string {
 		if x.Type != nil {
 			return "assertion"
 		}
+	case *ast.CompositeLit:
+		if isArray(x.Type) && len(x.Elts) > 1 && allLiterals(x.Elts) {
+			return "literal-array"
+		}
 	case *ast.ArrayType:
-		if x.Len != nil {
+		switch {
+		case isArray(x) && isArray(x.Elt):
+			return "array-of-arrays"
+		case isArray(x):
 			return "array"
 		}
 	case *ast.CallExpr:
@@ -75,4 +83,20 @@ func wayOf(n ast.Node) string {
 		}
 	}
 	return ""
+}
+
+// isArray tells of a type whether it is an array, and no slice.
+func isArray(e ast.Expr) bool {
+	x, ok := e.(*ast.ArrayType)
+	return ok && x.Len != nil
+}
+
+// allLiterals tells whether all elements are written out.
+func allLiterals(elements []ast.Expr) bool {
+	for _, e := range elements {
+		if _, ok := e.(*ast.BasicLit); !ok {
+			return false
+		}
+	}
+	return true
 }
