@@ -21,33 +21,6 @@ func block(t *testing.T, text string) [16]byte {
 	return [16]byte(b)
 }
 
-// some is a block by chance.
-func some(chance *rand.Rand) [16]byte { return [16]byte(checks.Bytes(chance.Intn, 16)) }
-
-// filled is a block of one byte only.
-func filled(c byte) [16]byte {
-	var b [16]byte
-	for i := range b {
-		b[i] = c
-	}
-	return b
-}
-
-// flipped is a block with one bit turned.
-func flipped(b [16]byte, bit int) [16]byte {
-	b[bit/8] ^= 0x80 >> (bit % 8)
-	return b
-}
-
-// edges are blocks of bytes 0, of bytes FF, of others, and those with one bit set, or one clear.
-func edges() [][16]byte {
-	out := [][16]byte{filled(0), filled(0xFF), filled(0x80), filled(0x7F), filled(1), filled(0x63), filled(0x52)}
-	for bit := range 128 {
-		out = append(out, flipped(filled(0), bit), flipped(filled(0xFF), bit))
-	}
-	return out
-}
-
 // times are two bytes multiplied, as polynomials over bits, and what is left of that when it is divided.
 func times(a, b byte) byte {
 	product := 0
@@ -277,9 +250,9 @@ func TestKnownRounds(t *testing.T) {
 // P6.1: all eleven round keys of other keys, held against the 44 numbers; the first one is the key.
 func TestRounds(t *testing.T) {
 	chance, boxes := rand.New(rand.NewSource(6)), boxed()
-	keys := edges()
+	keys := checks.Edges()
 	for range 500 {
-		keys = append(keys, some(chance))
+		keys = append(keys, checks.Block(chance.Intn))
 	}
 	for _, key := range keys {
 		k, w := New(key), numbers(boxes, key)
@@ -303,7 +276,7 @@ func TestWrongRounds(t *testing.T) {
 	for shift := range 63 {
 		wrong = append(wrong, math.MinInt>>shift, math.MinInt>>shift-1, math.MaxInt>>shift+11)
 	}
-	for _, k := range []Key{{}, New(filled(0)), New(filled(0xFF)), New(block(t, "000102030405060708090a0b0c0d0e0f"))} {
+	for _, k := range []Key{{}, New(checks.Filled(0)), New(checks.Filled(0xFF)), New(block(t, "000102030405060708090a0b0c0d0e0f"))} {
 		for _, n := range wrong {
 			if got := k.Round(n); got != [16]byte{} {
 				t.Fatalf("round %d: %x", n, got)
@@ -316,8 +289,8 @@ func TestWrongRounds(t *testing.T) {
 func TestZeroKey(t *testing.T) {
 	chance, boxes := rand.New(rand.NewSource(61)), boxed()
 	var zero Key
-	blocks := append(edges(), some(chance), some(chance), some(chance))
-	w := numbers(boxes, filled(0))
+	blocks := append(checks.Edges(), checks.Block(chance.Intn), checks.Block(chance.Intn), checks.Block(chance.Intn))
+	w := numbers(boxes, checks.Filled(0))
 	for way, k := range []Key{zero, {}, New([16]byte{}), *new(Key), [3]Key{}[1], struct{ Key }{}.Key, map[int]Key{}[1]} {
 		for n := range 11 {
 			if got, want := k.Round(n), round(w, n); got != want {
@@ -325,12 +298,12 @@ func TestZeroKey(t *testing.T) {
 			}
 		}
 		for _, b := range blocks {
-			if got, want := k.Encrypt(b), spelt(t, boxes, filled(0), b); got != want {
+			if got, want := k.Encrypt(b), spelt(t, boxes, checks.Filled(0), b); got != want {
 				t.Errorf("way %d, block %x: %x, not %x", way, b, got, want)
 			}
 		}
 	}
-	if New(flipped(filled(0), 127)).Encrypt(filled(0)) == zero.Encrypt(filled(0)) {
+	if New(checks.Flipped(checks.Filled(0), 127)).Encrypt(checks.Filled(0)) == zero.Encrypt(checks.Filled(0)) {
 		t.Error("another key is the zero one")
 	}
 }
@@ -338,9 +311,9 @@ func TestZeroKey(t *testing.T) {
 // P6.1: keys and blocks of bytes 0, of bytes FF, and with one bit set or clear, held against two other reckonings.
 func TestEdges(t *testing.T) {
 	boxes := boxed()
-	for _, key := range edges() {
+	for _, key := range checks.Edges() {
 		k := New(key)
-		for _, b := range edges() {
+		for _, b := range checks.Edges() {
 			if got, want := k.Encrypt(b), other(t, key, b); got != want {
 				t.Fatalf("key %x, block %x: %x, not %x", key, b, got, want)
 			}
@@ -355,7 +328,7 @@ func TestEdges(t *testing.T) {
 func TestByChance(t *testing.T) {
 	chance, boxes := rand.New(rand.NewSource(62)), boxed()
 	for range 3000 {
-		key, b := some(chance), some(chance)
+		key, b := checks.Block(chance.Intn), checks.Block(chance.Intn)
 		if got, want := New(key).Encrypt(b), spelt(t, boxes, key, b); got != want {
 			t.Fatalf("key %x, block %x: %x, not %x", key, b, got, want)
 		}
@@ -384,7 +357,7 @@ func TestOverAndOver(t *testing.T) {
 // P6.2: blocks that differ in one bit are encrypted to others; no two of many have one; and another AES leads each one back.
 func TestBlocksDiffer(t *testing.T) {
 	chance := rand.New(rand.NewSource(63))
-	for _, key := range [][16]byte{filled(0), filled(0xFF), some(chance), some(chance)} {
+	for _, key := range [][16]byte{checks.Filled(0), checks.Filled(0xFF), checks.Block(chance.Intn), checks.Block(chance.Intn)} {
 		k := New(key)
 		back, err := stdaes.NewCipher(key[:])
 		if err != nil {
@@ -402,14 +375,14 @@ func TestBlocksDiffer(t *testing.T) {
 				t.Fatalf("key %x: %x is encrypted to %x, which is that of %x", key, b, got, first)
 			}
 		}
-		for _, b := range append(edges(), some(chance), some(chance), some(chance)) {
+		for _, b := range append(checks.Edges(), checks.Block(chance.Intn), checks.Block(chance.Intn), checks.Block(chance.Intn)) {
 			meet(b)
 			for bit := range 128 {
-				meet(flipped(b, bit))
+				meet(checks.Flipped(b, bit))
 			}
 		}
 		for range 5000 {
-			meet(some(chance))
+			meet(checks.Block(chance.Intn))
 		}
 	}
 }
@@ -417,16 +390,16 @@ func TestBlocksDiffer(t *testing.T) {
 // P6.1: the same block by other keys, each one bit off: each bit of a key counts.
 func TestKeysDiffer(t *testing.T) {
 	chance := rand.New(rand.NewSource(64))
-	for _, key := range [][16]byte{filled(0), filled(0xFF), some(chance), some(chance)} {
-		for _, b := range [][16]byte{filled(0), filled(0xFF), key, some(chance)} {
+	for _, key := range [][16]byte{checks.Filled(0), checks.Filled(0xFF), checks.Block(chance.Intn), checks.Block(chance.Intn)} {
+		for _, b := range [][16]byte{checks.Filled(0), checks.Filled(0xFF), key, checks.Block(chance.Intn)} {
 			seen := map[[16]byte]int{New(key).Encrypt(b): -1}
 			for bit := range 128 {
-				got := New(flipped(key, bit)).Encrypt(b)
+				got := New(checks.Flipped(key, bit)).Encrypt(b)
 				if first, there := seen[got]; there {
 					t.Fatalf("key %x, block %x: bits %d and %d of the key make one block", key, b, first, bit)
 				}
-				if want := other(t, flipped(key, bit), b); got != want {
-					t.Fatalf("key %x, block %x: %x, not %x", flipped(key, bit), b, got, want)
+				if want := other(t, checks.Flipped(key, bit), b); got != want {
+					t.Fatalf("key %x, block %x: %x, not %x", checks.Flipped(key, bit), b, got, want)
 				}
 				seen[got] = bit
 			}
@@ -437,13 +410,13 @@ func TestKeysDiffer(t *testing.T) {
 // R3: keys that are used again, and copied, in any order, answer the same.
 func TestUsedAgain(t *testing.T) {
 	chance, boxes := rand.New(rand.NewSource(65)), boxed()
-	own := [][16]byte{filled(0), filled(0), filled(0xFF)}
+	own := [][16]byte{checks.Filled(0), checks.Filled(0), checks.Filled(0xFF)}
 	keys := []Key{{}, New(own[1]), New(own[2])}
 	for range 10 {
-		own = append(own, some(chance))
+		own = append(own, checks.Block(chance.Intn))
 		keys = append(keys, New(own[len(own)-1]))
 	}
-	blocks := [][16]byte{filled(0), filled(0xFF), some(chance), some(chance)}
+	blocks := [][16]byte{checks.Filled(0), checks.Filled(0xFF), checks.Block(chance.Intn), checks.Block(chance.Intn)}
 	for range 3000 {
 		at, b := chance.Intn(len(keys)), blocks[chance.Intn(len(blocks))]
 		switch chance.Intn(4) {
@@ -470,10 +443,10 @@ func TestUsedAgain(t *testing.T) {
 func TestArraysAreNotKept(t *testing.T) {
 	chance := rand.New(rand.NewSource(66))
 	for range 200 {
-		key, b := some(chance), some(chance)
+		key, b := checks.Block(chance.Intn), checks.Block(chance.Intn)
 		wasKey, was := key, b
 		k := New(key)
-		key = filled(0)
+		key = checks.Filled(0)
 		first := k.Encrypt(b)
 		if b != was {
 			t.Fatalf("block %x was turned into %x", was, b)

@@ -26,3 +26,21 @@ func Cut(chance func(m int) int, b []byte) [][]byte {
 	}
 	return parts
 }
+
+// Single are bytes in parts of one each.
+func Single(b []byte) [][]byte {
+	var parts [][]byte
+	for i := range b {
+		parts = append(parts, b[i:i+1])
+	}
+	return parts
+}
+
+// Rising are n bytes from 0 on.
+func Rising(n int) []byte {
+	b := make([]byte, n)
+	for i := range b {
+		b[i] = byte(i)
+	}
+	return b
+}

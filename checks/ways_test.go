@@ -18,6 +18,7 @@ func TestWays(t *testing.T) {
 		{"sha", "array copy"},
 		{"hmac", "array"},
 		{"aes", "array array-of-arrays literal-array"},
+		{"cmac", "copy variadic"},
 	} {
 		has := waysOf(t, c.layer)
 		for _, w := range strings.Fields(c.words) {

@@ -21,24 +21,6 @@ func lengths() []int {
 	return []int{0, 1, 2, 12, 19, 20, 21, 54, 55, 56, 57, 62, 63, 64, 65, 66, 100, 119, 120, 127, 128, 129, 192, 200, 1000, 4096}
 }
 
-// rising are n bytes from 0 on.
-func rising(n int) []byte {
-	b := make([]byte, n)
-	for i := range b {
-		b[i] = byte(i)
-	}
-	return b
-}
-
-// single are bytes in parts of one each.
-func single(b []byte) [][]byte {
-	var parts [][]byte
-	for i := range b {
-		parts = append(parts, b[i:i+1])
-	}
-	return parts
-}
-
 // spelt is a key's block by the chapter's words, with another SHA-1.
 func spelt(key []byte) []byte {
 	if len(key) > size {
@@ -91,13 +73,13 @@ func TestKnown(t *testing.T) {
 		{bytes.Repeat([]byte{0x0B}, 20), "Hi There", "b617318655057264e28bc0b6fb378c8ef146be00"},
 		{[]byte("Jefe"), "what do ya want for nothing?", "effcdf6ae5eb2fa2d27416d5f184df9c259a7c79"},
 		{bytes.Repeat([]byte{0xAA}, 20), strings.Repeat("\xDD", 50), "125d7342b9ac11cd91a39af48aa17b4f63f175d3"},
-		{rising(26)[1:], strings.Repeat("\xCD", 50), "4c9007f4026250c6bc8414f9bf50c86c2d7235da"},
+		{checks.Rising(26)[1:], strings.Repeat("\xCD", 50), "4c9007f4026250c6bc8414f9bf50c86c2d7235da"},
 		{bytes.Repeat([]byte{0x0C}, 20), "Test With Truncation", "4c1a03424b55e07fe7f27be1d58bb9324a9a5a04"},
 		{bytes.Repeat([]byte{0xAA}, 80), "Test Using Larger Than Block-Size Key - Hash Key First", "aa4ae5e15272d00e95705637ce8a3b55ed402112"},
 		{bytes.Repeat([]byte{0xAA}, 80), "Test Using Larger Than Block-Size Key and Larger Than One Block-Size Data", "e8e99d0f45237d786d6bbaa7965c7808bbff1a91"},
-		{rising(64), "Sample message for keylen=blocklen", "5fd596ee78d5553c8ff4e72d266dfd192366da29"},
-		{rising(20), "Sample message for keylen<blocklen", "4c99ff0cb1b31bd33f8431dbaf4d17fcd356a807"},
-		{rising(100), "Sample message for keylen=blocklen", "2d51b2f7750e410584662e38f133435f4c4fd42a"},
+		{checks.Rising(64), "Sample message for keylen=blocklen", "5fd596ee78d5553c8ff4e72d266dfd192366da29"},
+		{checks.Rising(20), "Sample message for keylen<blocklen", "4c99ff0cb1b31bd33f8431dbaf4d17fcd356a807"},
+		{checks.Rising(100), "Sample message for keylen=blocklen", "2d51b2f7750e410584662e38f133435f4c4fd42a"},
 		{nil, "", "fbdb1d1b18aa6c08324b7d64b71fb76370690e1d"},
 		{[]byte("key"), "The quick brown fox jumps over the lazy dog", "de7c9b85b8b78aa6bc8a7a36f70a90701c9db4d9"},
 	} {
@@ -180,7 +162,7 @@ func TestNothing(t *testing.T) {
 		}
 	}
 	for _, k := range lengths() {
-		key := rising(k)
+		key := checks.Rising(k)
 		want := mac(t, key, nil)
 		for n, parts := range lists {
 			if got := Of(key, parts...); got != want {
@@ -196,7 +178,7 @@ func TestNothing(t *testing.T) {
 // P5.1: each bit of the key and of the bytes counts.
 func TestEachBit(t *testing.T) {
 	for _, k := range []int{1, 20, 63, 64, 65, 130} {
-		text := rising(70)
+		text := checks.Rising(70)
 		seen := map[[20]byte]int{Of(make([]byte, k), text): -1}
 		for bit := range 8 * k {
 			key := make([]byte, k)
@@ -214,7 +196,7 @@ func TestEachBit(t *testing.T) {
 		for bit := range 8 * len(text) {
 			text := make([]byte, len(text))
 			text[bit/8] = 1 << (bit % 8)
-			got := Of(rising(k), text[:35], text[35:])
+			got := Of(checks.Rising(k), text[:35], text[35:])
 			if other, there := seen[got]; there {
 				t.Fatalf("key of %d: bits %d and %d of the bytes have one MAC", k, bit, other)
 			}
@@ -239,7 +221,7 @@ func TestCutInTwo(t *testing.T) {
 					t.Fatalf("key of %d, parts of %d and %d: short %x, not %x", k, at, n-at, got, want[:12])
 				}
 			}
-			if got := Of(key, single(b)...); got != want {
+			if got := Of(key, checks.Single(b)...); got != want {
 				t.Fatalf("key of %d, %d bytes one by one: %x, not %x", k, n, got, want)
 			}
 		}
