@@ -20,6 +20,7 @@ func TestWays(t *testing.T) {
 		{"aes", "array array-of-arrays literal-array"},
 		{"cmac", "copy variadic"},
 		{"kdf", "iota array"},
+		{"addr", "variadic array-compared"},
 	} {
 		has := waysOf(t, c.layer)
 		for _, w := range strings.Fields(c.words) {
@@ -84,6 +85,10 @@ func wayOf(n ast.Node) string {
 		case isArray(x):
 			return "array"
 		}
+	case *ast.BinaryExpr:
+		if (x.Op == token.EQL || x.Op == token.NEQ) && (isArrayValue(x.X) || isArrayValue(x.Y)) {
+			return "array-compared"
+		}
 	case *ast.CallExpr:
 		if f, ok := x.Fun.(*ast.Ident); ok {
 			return f.Name // of those that the language has: panic, recover, copy
@@ -96,6 +101,17 @@ func wayOf(n ast.Node) string {
 func isArray(e ast.Expr) bool {
 	x, ok := e.(*ast.ArrayType)
 	return ok && x.Len != nil
+}
+
+// isArrayValue tells of an expression whether it is an array that is written out, or made of a slice.
+func isArrayValue(e ast.Expr) bool {
+	switch x := ast.Unparen(e).(type) {
+	case *ast.CompositeLit:
+		return isArray(x.Type)
+	case *ast.CallExpr:
+		return isArray(ast.Unparen(x.Fun))
+	}
+	return false
 }
 
 // allLiterals tells whether all elements are written out.
