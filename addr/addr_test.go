@@ -800,22 +800,23 @@ func TestOrder(t *testing.T) {
 	}
 }
 
+// byNetip is an address as package netip has it, which knows no bytes behind the fourth of one of four.
+func byNetip(a api.Addr) netip.Addr {
+	if a.Six {
+		return netip.AddrFrom16(a.B)
+	}
+	return netip.AddrFrom4([4]byte(a.B[:4]))
+}
+
 // P9.3: -1, 0 or 1 by the kinds and the bytes, the other way about turned; of two that differ in one byte alone by it, also where it is the first or the last one.
 func TestCompare(t *testing.T) {
-	order := func(a, b api.Addr) int {
-		switch {
-		case a.Six && !b.Six:
-			return 1
-		case b.Six && !a.Six:
-			return -1
-		}
-		return netip.AddrFrom16(a.B).Compare(netip.AddrFrom16(b.B))
-	}
+	// Package netip has addresses of four ahead, too.
+	order := func(a, b api.Addr) int { return byNetip(a).Compare(byNetip(b)) }
 	hold := func(a, b api.Addr) {
 		if Compare(a, b) != order(a, b) || Compare(b, a) != -order(a, b) {
 			t.Fatalf("Compare(%v, %v) = %d, and turned %d", a, b, Compare(a, b), Compare(b, a))
 		}
-		if (Compare(a, b) == 0) != (a == b) {
+		if same := a.Six == b.Six && bytes.Equal(Bytes(a), Bytes(b)); (Compare(a, b) == 0) != same {
 			t.Fatalf("Compare(%v, %v) = %d", a, b, Compare(a, b))
 		}
 	}
@@ -836,8 +837,12 @@ func TestCompare(t *testing.T) {
 	for range 20000 {
 		hold(byChance(chance), byChance(chance))
 	}
-	// Of four with bytes behind the fourth: these count as well, behind the four.
+	// Bytes behind the fourth are none of an address of four, but are of one of sixteen.
 	dirty := slices.Concat(unlikely(10, 0, 0, 1), unlikely(10, 0, 0, 2), []api.Addr{made(10, 0, 0, 1), made(10, 0, 0, 2)})
+	for _, a := range slices.Clone(dirty) {
+		a.Six = true
+		dirty = append(dirty, a)
+	}
 	for _, a := range dirty {
 		for _, b := range dirty {
 			hold(a, b)
@@ -850,6 +855,32 @@ func TestCompare(t *testing.T) {
 		for _, b := range list[i:] {
 			if order(a, b) > 0 {
 				t.Fatalf("%v stands ahead of %v", a, b)
+			}
+		}
+	}
+}
+
+// P9.3: addresses of four which differ behind their fourth byte alone are the same, and stand where their four bytes tell; of sixteen all bytes count.
+func TestCompareBehindTheFourth(t *testing.T) {
+	less, a, more := made(10, 1, 1, 9), made(10, 1, 1, 10), made(10, 1, 1, 11)
+	six := Six(0x0A01, 0x010A)
+	odd := unlikely(10, 1, 1, 10)
+	for _, b := range odd {
+		sixth := b
+		sixth.Six = true
+		for _, c := range []struct {
+			a, b api.Addr
+			want int
+		}{
+			{a, b, 0}, {b, b, 0}, {b, less, 1}, {b, more, -1}, {b, Six(), -1}, {b, six, -1}, {b, sixth, -1}, {six, sixth, -1}, {sixth, sixth, 0},
+		} {
+			if Compare(c.a, c.b) != c.want || Compare(c.b, c.a) != -c.want {
+				t.Errorf("Compare(%v, %v) = %d, and turned %d, not %d", c.a, c.b, Compare(c.a, c.b), Compare(c.b, c.a), c.want)
+			}
+		}
+		for _, c := range odd {
+			if Compare(b, c) != 0 {
+				t.Errorf("Compare(%v, %v) = %d", b, c, Compare(b, c))
 			}
 		}
 	}
