@@ -1,6 +1,11 @@
 // Package checks holds the project as a whole to the document, by its tests; and it makes what the layers' tests have in common.
 package checks
 
+import (
+	"strconv"
+	"strings"
+)
+
 // Bytes are n bytes by chance: chance(m) is a number from 0 on, less than m.
 func Bytes(chance func(m int) int, n int) []byte {
 	b := make([]byte, n)
@@ -41,6 +46,20 @@ func Rising(n int) []byte {
 	b := make([]byte, n)
 	for i := range b {
 		b[i] = byte(i)
+	}
+	return b
+}
+
+// Unhex are the bytes of hex digits, with blanks between. It panics at a text of others: a test that spells its bytes wrong holds nothing.
+func Unhex(text string) []byte {
+	text = strings.ReplaceAll(text, " ", "")
+	var b []byte
+	for at := 0; at < len(text); at += 2 {
+		n, err := strconv.ParseUint(text[at:at+2], 16, 8)
+		if err != nil {
+			panic(err)
+		}
+		b = append(b, byte(n))
 	}
 	return b
 }

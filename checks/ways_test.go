@@ -21,6 +21,7 @@ func TestWays(t *testing.T) {
 		{"cmac", "copy variadic"},
 		{"kdf", "iota array"},
 		{"addr", "variadic array-compared"},
+		{"ipfour", "closure"},
 	} {
 		has := waysOf(t, c.layer)
 		for _, w := range strings.Fields(c.words) {
@@ -66,6 +67,8 @@ func wayOf(n ast.Node) string {
 		return "variadic"
 	case *ast.DeferStmt:
 		return "defer"
+	case *ast.FuncLit:
+		return "closure"
 	case *ast.Ident:
 		if x.Name == "iota" {
 			return "iota"

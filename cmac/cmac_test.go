@@ -19,21 +19,8 @@ func lengths() []int {
 	return []int{0, 1, 2, 7, 8, 14, 15, 16, 17, 18, 30, 31, 32, 33, 34, 47, 48, 49, 63, 64, 65, 100, 127, 128, 129, 255, 256, 257, 1000, 1600, 4095, 4096, 4097}
 }
 
-// unhex are the bytes of hex digits.
-func unhex(t *testing.T, text string) []byte {
-	t.Helper()
-	b, err := hex.DecodeString(text)
-	if err != nil {
-		t.Fatal(text, err)
-	}
-	return b
-}
-
 // block is a block of 32 hex digits.
-func block(t *testing.T, text string) [16]byte {
-	t.Helper()
-	return [16]byte(unhex(t, text))
-}
+func block(text string) [16]byte { return [16]byte(checks.Unhex(text)) }
 
 // other is another AES.
 func other(t *testing.T, key [16]byte) cipher.Block {
@@ -129,8 +116,8 @@ func hold(t *testing.T, want, key [16]byte, parts ...[]byte) {
 
 // P7.1: the chapter's example.
 func TestExample(t *testing.T) {
-	key := block(t, "2b7e151628aed2a6abf7158809cf4f3c")
-	if got := Of(key); got != block(t, "bb1d6929e95937287fa37d129b756746") {
+	key := block("2b7e151628aed2a6abf7158809cf4f3c")
+	if got := Of(key); got != block("bb1d6929e95937287fa37d129b756746") {
 		t.Errorf("%x", got)
 	}
 	if got := Short(key); hex.EncodeToString(got[:]) != "bb1d6929e95937287fa37d12" {
@@ -168,7 +155,7 @@ func TestKnown(t *testing.T) {
 		{all, all, "f375c39e45b5a9f1f5e104a04ce7e1e6"},
 		{all, none + "00", "787ec516d75253ce65936c92dc806afe"},
 	} {
-		hold(t, block(t, c.want), block(t, c.key), unhex(t, c.text))
+		hold(t, block(c.want), block(c.key), checks.Unhex(c.text))
 	}
 }
 
@@ -189,7 +176,7 @@ func TestKnownDoubles(t *testing.T) {
 		{"7df76b0c1ab899b33e42f047b91b546f", "fbeed618357133667c85e08f7236a8de"},
 		{"fbeed618357133667c85e08f7236a8de", "f7ddac306ae266ccf90bc11ee46d513b"},
 	} {
-		if got := Double(block(t, c.b)); got != block(t, c.want) {
+		if got := Double(block(c.b)); got != block(c.want) {
 			t.Errorf("Double(%s) = %x, not %s", c.b, got, c.want)
 		}
 	}
@@ -249,8 +236,8 @@ func TestKnownBlocks(t *testing.T) {
 		{"2b7e151628aed2a6abf7158809cf4f3c", "fbeed618357133667c85e08f7236a8de", "f7ddac306ae266ccf90bc11ee46d513b"},
 		{"00000000000000000000000000000000", "cdd297a9df1458771099f4b39468565c", "9ba52f53be28b0ee2133e96728d0ac3f"},
 	} {
-		first, second := Blocks(block(t, c.key))
-		if first != block(t, c.first) || second != block(t, c.second) {
+		first, second := Blocks(block(c.key))
+		if first != block(c.first) || second != block(c.second) {
 			t.Errorf("Blocks(%s) = %x, %x, not %s, %s", c.key, first, second, c.first, c.second)
 		}
 	}

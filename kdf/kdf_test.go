@@ -25,16 +25,6 @@ func noAlgs() []int {
 	return []int{0, 3, 4, 16, 20, 255, 256, 257, 258, 1<<16 + 1, 1<<32 + 1, 1<<32 + 2, math.MaxInt, -1, -2, -3, -255, -254, math.MinInt, math.MinInt + 1, math.MinInt + 2}
 }
 
-// unhex are the bytes of hex digits, with blanks between.
-func unhex(t *testing.T, text string) []byte {
-	t.Helper()
-	b, err := hex.DecodeString(strings.ReplaceAll(text, " ", ""))
-	if err != nil {
-		t.Fatal(text, err)
-	}
-	return b
-}
-
 // end is an end of the bytes of an address, and a port.
 func end(port uint16, b ...byte) api.End {
 	e := api.End{Port: port}
@@ -223,7 +213,7 @@ func TestKnownContext(t *testing.T) {
 			strings.Repeat("ff", 44),
 		},
 	} {
-		if got := c.way.context(t); !bytes.Equal(got, unhex(t, c.want)) {
+		if got := c.way.context(t); !bytes.Equal(got, checks.Unhex(c.want)) {
 			t.Errorf("Context(%v) = %x, not %s", c.way, got, c.want)
 		}
 	}
@@ -412,7 +402,7 @@ func TestKnownKeys(t *testing.T) {
 		{AES, way{six(2, 179), six(1, 0xF85A), 0xA6744ECB, 0x193CCCEC}, "cf1b1e22 5e06a636 16764a06 7b46f4b1"},
 		{AES, way{six(1, 0xF85A), six(2, 179), 0x193CCCEC, 0xA6744ECB}, "6174c355 7abed275 74dba371 85f00300"},
 	} {
-		if got := keyOf(t, c.alg, []byte("testvector"), c.way.context(t)); !bytes.Equal(got, unhex(t, c.want)) {
+		if got := keyOf(t, c.alg, []byte("testvector"), c.way.context(t)); !bytes.Equal(got, checks.Unhex(c.want)) {
 			t.Errorf("Key(%d) of %v = %x, not %s", c.alg, c.way, got, c.want)
 		}
 	}
@@ -562,7 +552,7 @@ func TestWrongKeys(t *testing.T) {
 
 // P8.2: the MACs of RFC 9235's first Syns: of the turn, the pseudo header and the segment, whose check sum and MAC are 0.
 func TestKnownSyns(t *testing.T) {
-	turn, pseudo, none := make([]byte, 4), unhex(t, "0a0b0c0d ac1b1c1d 00 06 0038"), make([]byte, 12)
+	turn, pseudo, none := make([]byte, 4), checks.Unhex("0a0b0c0d ac1b1c1d 00 06 0038"), make([]byte, 12)
 	for _, c := range []struct {
 		alg                int
 		key, segment, want string
@@ -576,7 +566,7 @@ func TestKnownSyns(t *testing.T) {
 			"c4fa00b3 787a1ddf 00000000 e002ffff 00000000 020405b4 01030308 0402080a 00017ed0 00000000 1d103d54", "e477e99c 80407654 98e55091",
 		},
 	} {
-		key, segment, want := unhex(t, c.key), unhex(t, c.segment), [12]byte(unhex(t, c.want))
+		key, segment, want := checks.Unhex(c.key), checks.Unhex(c.segment), [12]byte(checks.Unhex(c.want))
 		hold(t, want, c.alg, key, turn, pseudo, segment, none)
 		hold(t, want, c.alg, key, slices.Concat(turn, pseudo, segment, none))
 	}
@@ -599,8 +589,8 @@ func TestKnownMACs(t *testing.T) {
 		{100, "220e8f20a11ea966f929325b", "830e2f149feccaa3977946ce"},
 	} {
 		text := checks.Rising(c.many)
-		hold(t, [12]byte(unhex(t, c.sha1)), SHA1, checks.Rising(20), text)
-		hold(t, [12]byte(unhex(t, c.aes)), AES, checks.Rising(16), text)
+		hold(t, [12]byte(checks.Unhex(c.sha1)), SHA1, checks.Rising(20), text)
+		hold(t, [12]byte(checks.Unhex(c.aes)), AES, checks.Rising(16), text)
 	}
 }
 
