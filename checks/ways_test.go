@@ -5,6 +5,7 @@ import (
 	"go/parser"
 	"go/token"
 	"path/filepath"
+	"slices"
 	"strings"
 	"testing"
 )
@@ -22,6 +23,7 @@ func TestWays(t *testing.T) {
 		{"kdf", "iota array"},
 		{"addr", "variadic array-compared"},
 		{"ipfour", "closure"},
+		{"ipsix", "embedding promoted"},
 	} {
 		has := waysOf(t, c.layer)
 		for _, w := range strings.Fields(c.words) {
@@ -32,13 +34,30 @@ func TestWays(t *testing.T) {
 	}
 }
 
-// waysOf are the ways that a layer's files have, tests aside; what is declared at package level alone does not count, but constants, which stand nowhere else.
+// waysOf are the ways that a layer's files have, tests aside; what is declared at package level alone does not count, but constants, and what types have in them, which stand nowhere else.
 func waysOf(t *testing.T, layer string) map[string]bool {
+	decls := declsOf(t, layer)
+	inside := insideOf(decls)
+	has := map[string]bool{"embedding": len(inside) > 0, "promoted": promotes(decls, inside)}
+	for _, d := range decls {
+		if g, ok := d.(*ast.GenDecl); ok && g.Tok != token.CONST {
+			continue
+		}
+		ast.Inspect(d, func(n ast.Node) bool {
+			has[wayOf(n)] = true
+			return true
+		})
+	}
+	return has
+}
+
+// declsOf are what a layer's files declare, tests aside.
+func declsOf(t *testing.T, layer string) []ast.Decl {
 	files, err := filepath.Glob(filepath.Join("..", layer, "*.go"))
 	if err != nil || len(files) == 0 {
 		t.Fatal(err, "no files of "+layer)
 	}
-	has := map[string]bool{}
+	var decls []ast.Decl
 	for _, f := range files {
 		if strings.HasSuffix(f, "_test.go") {
 			continue
@@ -47,17 +66,85 @@ func waysOf(t *testing.T, layer string) map[string]bool {
 		if err != nil {
 			t.Fatal(err)
 		}
-		for _, d := range file.Decls {
-			if g, ok := d.(*ast.GenDecl); ok && g.Tok != token.CONST {
-				continue
+		decls = append(decls, file.Decls...)
+	}
+	return decls
+}
+
+// insideOf are, by their types' names, the names that structs have themselves, of those that have another type in them: of their fields, that type among them, and of their methods.
+func insideOf(decls []ast.Decl) map[string]map[string]bool {
+	inside := map[string]map[string]bool{}
+	for _, d := range decls {
+		ast.Inspect(d, func(n ast.Node) bool {
+			if x, ok := n.(*ast.TypeSpec); ok && embeds(x.Type) {
+				inside[x.Name.Name] = fieldsOf(x.Type.(*ast.StructType))
 			}
-			ast.Inspect(d, func(n ast.Node) bool {
-				has[wayOf(n)] = true
-				return true
-			})
+			return true
+		})
+	}
+	for _, d := range decls {
+		if f, ok := d.(*ast.FuncDecl); ok && f.Recv != nil {
+			if own := inside[lastName(f.Recv.List[0].Type)]; own != nil {
+				own[f.Name.Name] = true
+			}
 		}
 	}
-	return has
+	return inside
+}
+
+// embeds tells of a type whether it is a struct that has another type in it.
+func embeds(e ast.Expr) bool {
+	x, ok := e.(*ast.StructType)
+	return ok && slices.ContainsFunc(x.Fields.List, func(f *ast.Field) bool { return len(f.Names) == 0 })
+}
+
+// fieldsOf are the names of a struct's fields.
+func fieldsOf(x *ast.StructType) map[string]bool {
+	names := map[string]bool{}
+	for _, f := range x.Fields.List {
+		for _, n := range f.Names {
+			names[n.Name] = true
+		}
+		if len(f.Names) == 0 {
+			names[lastName(f.Type)] = true
+		}
+	}
+	return names
+}
+
+// lastName is the name of a type, without its package and its star.
+func lastName(e ast.Expr) string {
+	switch x := e.(type) {
+	case *ast.StarExpr:
+		return lastName(x.X)
+	case *ast.SelectorExpr:
+		return x.Sel.Name
+	case *ast.Ident:
+		return x.Name
+	}
+	return ""
+}
+
+// promotes tells whether some method asks its receiver for what its type has not itself, but only by what is in it.
+func promotes(decls []ast.Decl, inside map[string]map[string]bool) bool {
+	found := false
+	for _, d := range decls {
+		f, ok := d.(*ast.FuncDecl)
+		if !ok || f.Recv == nil || len(f.Recv.List[0].Names) == 0 {
+			continue
+		}
+		own, receiver := inside[lastName(f.Recv.List[0].Type)], f.Recv.List[0].Names[0].Name
+		ast.Inspect(f, func(n ast.Node) bool {
+			x, ok := n.(*ast.SelectorExpr)
+			if !ok || own == nil {
+				return true
+			}
+			of, ok := x.X.(*ast.Ident)
+			found = found || ok && of.Name == receiver && !own[x.Sel.Name]
+			return true
+		})
+	}
+	return found
 }
 
 // wayOf is the way that a node of a file is, or nothing.

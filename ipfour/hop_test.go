@@ -51,7 +51,7 @@ func TestKnownHops(t *testing.T) {
 func TestHop(t *testing.T) {
 	list := tried(rand.New(rand.NewSource(107)), 2000)
 	for hops := range 256 {
-		list = append(list, hopping(uint8(hops), sized(3)), wholly(hopping(uint8(hops), sized(0))))
+		list = append(list, checks.Hopping(uint8(hops), sized(3)), checks.Wholly(checks.Hopping(uint8(hops), sized(0))))
 	}
 	for _, p := range list {
 		b := laid(t, p)
@@ -62,7 +62,7 @@ func TestHop(t *testing.T) {
 			}
 			continue
 		}
-		if e != api.OK || !bytes.Equal(got, laid(t, hopping(p.Hops-1, p))) || !bytes.Equal(got, hoppedByWords(b)) {
+		if e != api.OK || !bytes.Equal(got, laid(t, checks.Hopping(p.Hops-1, p))) || !bytes.Equal(got, hoppedByWords(b)) {
 			t.Fatalf("Hop of %s: %x, %v", short(p), got[:min(len(got), 40)], e)
 		}
 	}
@@ -72,9 +72,9 @@ func TestHop(t *testing.T) {
 func TestHopOfAllSums(t *testing.T) {
 	seen, ends := map[uint16]bool{}, 0
 	for id := range 1 << 16 {
-		p := numbered(uint32(id), ordinary())
+		p := checks.Numbered(uint32(id), ordinary())
 		b := laid(t, p)
-		want := laid(t, hopping(63, p))
+		want := laid(t, checks.Hopping(63, p))
 		if got := hopped(t, b); !bytes.Equal(got, want) {
 			t.Fatalf("Hop(%x) = %x, not %x", b, got, want)
 		}
@@ -108,7 +108,7 @@ func TestHopKeeps(t *testing.T) {
 			t.Fatalf("Hop(%x) = %x", b, got)
 		}
 		p := parsed(t, b)
-		if !alike(parsed(t, got), hopping(p.Hops-1, p)) {
+		if !checks.Alike(parsed(t, got), checks.Hopping(p.Hops-1, p)) {
 			t.Fatalf("Hop(%x) is parsed as %s", b, short(parsed(t, got)))
 		}
 	}
@@ -120,7 +120,7 @@ func TestHopByHop(t *testing.T) {
 	b[8] = 255
 	summed(b)
 	for hops := 255; hops > 1; hops-- {
-		if got := parsed(t, b); !alike(got, hopping(uint8(hops), ordinary(1, 2, 3, 4))) {
+		if got := parsed(t, b); !checks.Alike(got, checks.Hopping(uint8(hops), ordinary(1, 2, 3, 4))) {
 			t.Fatalf("%d: %s", hops, short(got))
 		}
 		b = hopped(t, b)

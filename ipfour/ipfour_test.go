@@ -21,63 +21,35 @@ func ordinary(load ...byte) api.Packet {
 	return api.Packet{Src: addr.Four(10, 0, 0, 1), Dst: addr.Four(192, 168, 200, 254), Proto: 6, Hops: 64, Id: 0x1234, Load: load}
 }
 
-// with is a packet, something of which is turned.
-func with(p api.Packet, turn func(p *api.Packet)) api.Packet {
-	turn(&p)
-	return p
-}
-
 // sized is an ordinary packet with a load of n bytes.
 func sized(n int) api.Packet { return ordinary(checks.Rising(n)...) }
 
-// wholly is a packet that is Whole.
-func wholly(p api.Packet) api.Packet { return with(p, func(p *api.Packet) { p.Whole = true }) }
-
-// followed is a packet with More.
-func followed(p api.Packet) api.Packet { return with(p, func(p *api.Packet) { p.More = true }) }
-
-// at is a packet with an Off.
-func at(off int, p api.Packet) api.Packet { return with(p, func(p *api.Packet) { p.Off = off }) }
-
-// numbered is a packet with an Id.
-func numbered(id uint32, p api.Packet) api.Packet { return with(p, func(p *api.Packet) { p.Id = id }) }
-
-// hopping is a packet with Hops.
-func hopping(hops uint8, p api.Packet) api.Packet {
-	return with(p, func(p *api.Packet) { p.Hops = hops })
-}
-
-// between is a packet with both its addresses.
-func between(src, dst api.Addr, p api.Packet) api.Packet {
-	return with(p, func(p *api.Packet) { p.Src, p.Dst = src, dst })
-}
-
 // edges are packets that may be: each field at its ends, and loads of none, one, and as many bytes as may be.
 func edges() []api.Packet {
-	out := []api.Packet{{}, wholly(api.Packet{}), followed(api.Packet{}), at(65512, followed(sized(0)))}
+	out := []api.Packet{{}, checks.Wholly(api.Packet{}), checks.Followed(api.Packet{}), checks.At(65512, checks.Followed(sized(0)))}
 	for _, n := range []int{0, 1, 2, 7, 8, 9, 16, 20, 40, 1480, 65507, 65512, 65514, 65515} {
 		p := sized(n)
 		greatest := (65515 - n) / 8 * 8
-		out = append(out, p, wholly(p), at(greatest, p))
+		out = append(out, p, checks.Wholly(p), checks.At(greatest, p))
 		if n <= 65507 {
-			out = append(out, at(8, p))
+			out = append(out, checks.At(8, p))
 		}
 		if n%8 == 0 {
-			out = append(out, followed(p), at(greatest, followed(p)))
+			out = append(out, checks.Followed(p), checks.At(greatest, checks.Followed(p)))
 		}
 	}
 	for _, n := range []int{3, 11, 65499, 65507, 65515} {
-		out = append(out, at(65515-n, sized(n)))
+		out = append(out, checks.At(65515-n, sized(n)))
 	}
-	for _, p := range []api.Packet{sized(0), wholly(sized(1)), at(8, followed(sized(8)))} {
+	for _, p := range []api.Packet{sized(0), checks.Wholly(sized(1)), checks.At(8, checks.Followed(sized(8)))} {
 		for _, id := range []uint32{0, 1, 255, 256, 1<<15 - 1, 1 << 15, 1<<16 - 2, 1<<16 - 1} {
-			out = append(out, numbered(id, p))
+			out = append(out, checks.Numbered(id, p))
 		}
 		for _, n := range []uint8{0, 1, 2, 127, 128, 254, 255} {
-			out = append(out, hopping(n, p), with(p, func(p *api.Packet) { p.Proto = n }))
+			out = append(out, checks.Hopping(n, p), checks.Carrying(n, p))
 		}
 		for _, a := range []api.Addr{addr.Four(0, 0, 0, 0), addr.Four(255, 255, 255, 255), addr.Four(224, 0, 0, 1), addr.Four(1, 2, 3, 4)} {
-			out = append(out, between(a, p.Dst, p), between(p.Src, a, p), between(a, a, p))
+			out = append(out, checks.Between(a, p.Dst, p), checks.Between(p.Src, a, p), checks.Between(a, a, p))
 		}
 	}
 	return out
@@ -101,10 +73,10 @@ func wrongs() []api.Packet {
 	var out []api.Packet
 	for _, a := range unlikely() {
 		p := sized(8)
-		out = append(out, between(a, p.Dst, p), between(p.Src, a, p), between(a, a, p))
+		out = append(out, checks.Between(a, p.Dst, p), checks.Between(p.Src, a, p), checks.Between(a, a, p))
 	}
 	for _, id := range []uint32{1 << 16, 1<<16 + 1, 1<<16 + 0x1234, 1 << 24, 1 << 31, math.MaxUint32} {
-		out = append(out, numbered(id, sized(0)), numbered(id, wholly(sized(9))))
+		out = append(out, checks.Numbered(id, sized(0)), checks.Numbered(id, checks.Wholly(sized(9))))
 	}
 	offs := []int{
 		-1, -7, -8, -16, -65536, math.MinInt, math.MinInt + 8, // below 0
@@ -113,24 +85,24 @@ func wrongs() []api.Packet {
 	}
 	for _, off := range offs {
 		for _, n := range []int{0, 1, 8, 16, 1480, 65512, 65515} {
-			out = append(out, at(off, sized(n)))
+			out = append(out, checks.At(off, sized(n)))
 		}
 	}
 	for _, n := range []int{65516, 65517, 65520, 65535, 65536, 1<<16 + 8, 1 << 20} {
-		out = append(out, sized(n), wholly(sized(n)), at(8, sized(n)))
+		out = append(out, sized(n), checks.Wholly(sized(n)), checks.At(8, sized(n)))
 	}
 	for _, n := range []int{0, 4, 12, 1480, 65507} {
 		greatest := (65515 - n) / 8 * 8
-		out = append(out, at(greatest+8, sized(n)))
+		out = append(out, checks.At(greatest+8, sized(n)))
 	}
-	out = append(out, followed(sized(65520)), at(8, followed(sized(65512))), at(65512, followed(sized(8))))
+	out = append(out, checks.Followed(sized(65520)), checks.At(8, checks.Followed(sized(65512))), checks.At(65512, checks.Followed(sized(8))))
 	for _, n := range []int{1, 2, 3, 4, 5, 6, 7, 9, 12, 15, 17, 1479, 65511, 65513, 65515} {
-		out = append(out, followed(sized(n)))
+		out = append(out, checks.Followed(sized(n)))
 	}
-	out = append(out, at(8, followed(sized(4))))
+	out = append(out, checks.At(8, checks.Followed(sized(4))))
 	for _, n := range []int{0, 8} {
-		p := wholly(sized(n))
-		out = append(out, followed(p), at(8, p), at(65504, p), at(8, followed(p)))
+		p := checks.Wholly(sized(n))
+		out = append(out, checks.Followed(p), checks.At(8, p), checks.At(65504, p), checks.At(8, checks.Followed(p)))
 	}
 	return out
 }
@@ -253,18 +225,9 @@ func short(p api.Packet) string {
 	return strings.Join([]string{addr.Text(p.Src), addr.Text(p.Dst), hex.EncodeToString(spelt(p)), big.NewInt(int64(p.Off)).String(), big.NewInt(int64(n)).String()}, " ")
 }
 
-// alike tells whether two packets are the same, by their fields.
-func alike(a, b api.Packet) bool {
-	load := bytes.Equal(a.Load, b.Load)
-	return load && [9]any{a.Src, a.Dst, a.Proto, a.Hops, a.Id, a.Whole, a.More, a.Off} == [9]any{b.Src, b.Dst, b.Proto, b.Hops, b.Id, b.Whole, b.More, b.Off}
-}
-
-// nothing tells whether a packet is the zero one.
-func nothing(p api.Packet) bool { return alike(p, api.Packet{}) }
-
 // P10.1: the chapter's example: a packet of no load has 20 bytes.
 func TestExample(t *testing.T) {
-	for _, p := range []api.Packet{{}, ordinary(), wholly(ordinary([]byte{}...)), at(65512, ordinary())} {
+	for _, p := range []api.Packet{{}, ordinary(), checks.Wholly(ordinary([]byte{}...)), checks.At(65512, ordinary())} {
 		if got := laid(t, p); len(got) != 20 || Head != 20 {
 			t.Errorf("%d bytes, %d", len(got), Head)
 		}
@@ -289,7 +252,7 @@ func TestKnownPackets(t *testing.T) {
 		if got := laid(t, c.p); !bytes.Equal(got, want) {
 			t.Errorf("Lay: %x, not %x", got, want)
 		}
-		if got, e := Parse(want); !alike(got, c.p) || e != api.OK {
+		if got, e := Parse(want); !checks.Alike(got, c.p) || e != api.OK {
 			t.Errorf("Parse(%x) = %v, %v", want, got, e)
 		}
 	}
@@ -375,15 +338,15 @@ func TestSame(t *testing.T) {
 			func(p *api.Packet) { p.Src.B = checks.Flipped(p.Src.B, bit) },
 			func(p *api.Packet) { p.Dst.B = checks.Flipped(p.Dst.B, bit) })
 	}
-	for _, p := range []api.Packet{{}, ordinary(), sized(8), wholly(sized(9)), at(64, followed(sized(16)))} {
+	for _, p := range []api.Packet{{}, ordinary(), sized(8), checks.Wholly(sized(9)), checks.At(64, checks.Followed(sized(16)))} {
 		again := p
 		again.Load = slices.Clone(p.Load)
 		if !Same(p, p) || !Same(p, again) || !Same(again, p) {
 			t.Errorf("%s is not the same as itself", short(p))
 		}
 		for i, turn := range other {
-			q := with(again, turn)
-			if Same(p, q) || Same(q, p) || !Same(q, q) {
+			q := checks.With(again, turn)
+			if Same(p, q) || Same(q, p) || !Same(q, q) || checks.Alike(p, q) {
 				t.Errorf("%s: %d: %v, %v, %v", short(p), i, Same(p, q), Same(q, p), Same(q, q))
 			}
 		}
@@ -400,7 +363,7 @@ func TestSame(t *testing.T) {
 	if !Same(ordinary(), ordinary(empty...)) || !Same(ordinary(empty...), ordinary()) {
 		t.Error("no load, and none, are not the same")
 	}
-	turned := between(addr.Four(192, 168, 200, 254), addr.Four(10, 0, 0, 1), ordinary())
+	turned := checks.Between(addr.Four(192, 168, 200, 254), addr.Four(10, 0, 0, 1), ordinary())
 	if Same(ordinary(), turned) || Same(turned, ordinary()) {
 		t.Error("addresses may be turned about")
 	}
@@ -415,7 +378,7 @@ func TestSameByBytes(t *testing.T) {
 	}
 	for i, p := range all {
 		for j, q := range all {
-			if got := Same(p, q); got != bytes.Equal(texts[i], texts[j]) || got != alike(p, q) {
+			if got := Same(p, q); got != bytes.Equal(texts[i], texts[j]) || got != checks.Alike(p, q) {
 				t.Fatalf("Same of %s and %s is %v", short(p), short(q), got)
 			}
 		}

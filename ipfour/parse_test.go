@@ -58,7 +58,7 @@ func parsed(t *testing.T, b []byte) api.Packet {
 // refuse holds that bytes are told an error of, and nothing besides.
 func refuse(t *testing.T, what string, b []byte, want api.Errno) {
 	t.Helper()
-	if p, e := Parse(b); e != want || !nothing(p) {
+	if p, e := Parse(b); e != want || !checks.Nothing(p) {
 		t.Errorf("%s: Parse(%x, %d bytes) = %v, %v, not %v", what, b[:min(len(b), 60)], len(b), short(p), e, want)
 	}
 }
@@ -68,17 +68,17 @@ func TestLaidIsParsed(t *testing.T) {
 	chance := rand.New(rand.NewSource(103))
 	for _, p := range tried(chance, 2000) {
 		b := laid(t, p)
-		if got := parsed(t, b); !alike(got, p) || !Same(got, p) {
+		if got := parsed(t, b); !checks.Alike(got, p) || !Same(got, p) {
 			t.Fatalf("%s is parsed as %s", short(p), short(got))
 		}
 		for _, behind := range [][]byte{{0}, {255}, make([]byte, 7), b, checks.Bytes(chance.Intn, 1+chance.Intn(100)), bytes.Repeat([]byte{0x45}, 40)} {
-			if got := parsed(t, slices.Concat(b, behind)); !alike(got, p) {
+			if got := parsed(t, slices.Concat(b, behind)); !checks.Alike(got, p) {
 				t.Fatalf("%s, with %x behind, is parsed as %s", short(p), behind[:min(len(behind), 40)], short(got))
 			}
 		}
 	}
 	p := sized(100)
-	if got := parsed(t, append(laid(t, p), make([]byte, 1<<20)...)); !alike(got, p) {
+	if got := parsed(t, append(laid(t, p), make([]byte, 1<<20)...)); !checks.Alike(got, p) {
 		t.Error(short(got))
 	}
 }
@@ -98,7 +98,7 @@ func TestOptions(t *testing.T) {
 				}
 				behind := checks.Bytes(chance.Intn, chance.Intn(30))
 				for _, text := range [][]byte{b, slices.Concat(b, behind)} {
-					if got := parsed(t, text); !alike(got, ordinary(load...)) {
+					if got := parsed(t, text); !checks.Alike(got, ordinary(load...)) {
 						t.Fatalf("%x.. is parsed as %s", text[:20], short(got))
 					}
 				}
@@ -108,7 +108,7 @@ func TestOptions(t *testing.T) {
 	// As many bytes as there may be at all: the header, its options and the load together.
 	for words := range 11 {
 		load := make([]byte, 65515-4*words)
-		if got := parsed(t, headerOf(len(load), make([]byte, 4*words)...).bytes(load...)); !alike(got, ordinary(load...)) {
+		if got := parsed(t, headerOf(len(load), make([]byte, 4*words)...).bytes(load...)); !checks.Alike(got, ordinary(load...)) {
 			t.Errorf("%d: %s", words, short(got))
 		}
 		// What counts for the end is the load alone, without the options.
@@ -118,7 +118,7 @@ func TestOptions(t *testing.T) {
 			b := h.bytes(load...)
 			if off+len(load) > 65515 {
 				refuse(t, "an end behind 65515", b, api.ErrForm)
-			} else if got := parsed(t, b); !alike(got, at(off, ordinary(load...))) {
+			} else if got := parsed(t, b); !checks.Alike(got, checks.At(off, ordinary(load...))) {
 				t.Errorf("%d, %d: %s", words, off, short(got))
 			}
 		}
@@ -131,7 +131,7 @@ func TestJustTheHeader(t *testing.T) {
 		options := bytes.Repeat([]byte{1}, 4*words)
 		b := headerOf(0, options...).bytes()
 		for _, behind := range []int{0, 1, 100} {
-			if got := parsed(t, slices.Concat(b, make([]byte, behind))); !alike(got, ordinary()) || len(got.Load) != 0 {
+			if got := parsed(t, slices.Concat(b, make([]byte, behind))); !checks.Alike(got, ordinary()) || len(got.Load) != 0 {
 				t.Errorf("%d words of options: %s", words, short(got))
 			}
 		}
@@ -216,12 +216,12 @@ func TestBytesThatMayNotBe(t *testing.T) {
 		n    int
 		want api.Packet
 	}{
-		{0x4000, 1, wholly(sized(1))}, {0x4000, 65515, wholly(sized(65515))}, {0, 1, sized(1)}, {0x2000, 0, followed(sized(0))}, {0x2000, 16, followed(sized(16))},
-		{1, 1, at(8, sized(1))}, {0x2001, 8, at(8, followed(sized(8)))}, {1, 65507, at(8, sized(65507))}, {0x1FFD, 3, at(65512, sized(3))}, {0x3FFD, 0, at(65512, followed(sized(0)))}, {0x3FFC, 8, at(65504, followed(sized(8)))}, {0x1FFC, 11, at(65504, sized(11))},
+		{0x4000, 1, checks.Wholly(sized(1))}, {0x4000, 65515, checks.Wholly(sized(65515))}, {0, 1, sized(1)}, {0x2000, 0, checks.Followed(sized(0))}, {0x2000, 16, checks.Followed(sized(16))},
+		{1, 1, checks.At(8, sized(1))}, {0x2001, 8, checks.At(8, checks.Followed(sized(8)))}, {1, 65507, checks.At(8, sized(65507))}, {0x1FFD, 3, checks.At(65512, sized(3))}, {0x3FFD, 0, checks.At(65512, checks.Followed(sized(0)))}, {0x3FFC, 8, checks.At(65504, checks.Followed(sized(8)))}, {0x1FFC, 11, checks.At(65504, sized(11))},
 	} {
 		h := headerOf(c.n)
 		h.cut = c.cut
-		if got := parsed(t, h.bytes(checks.Rising(c.n)...)); !alike(got, c.want) {
+		if got := parsed(t, h.bytes(checks.Rising(c.n)...)); !checks.Alike(got, c.want) {
 			t.Errorf("%x, %d: %s", c.cut, c.n, short(got))
 		}
 	}
@@ -291,7 +291,7 @@ func TestTogether(t *testing.T) {
 					for _, n := range []int{0, 1, 19, 20, 21, 23, 24, 27, 28, 36, 59, 60, 61, 68} {
 						got, e := Parse(b[:n])
 						want, f := wanted(b[:n])
-						if e != f || !alike(got, want) {
+						if e != f || !checks.Alike(got, want) {
 							t.Fatalf("Parse(%x) = %s, %v, not %s, %v", b[:n], short(got), e, short(want), f)
 						}
 						many[e]++
@@ -327,14 +327,14 @@ func TestBytesByChance(t *testing.T) {
 		}
 		got, e := Parse(b)
 		want, f := wanted(b)
-		if e != f || !alike(got, want) {
+		if e != f || !checks.Alike(got, want) {
 			t.Fatalf("Parse(%x) = %s, %v, not %s, %v", b, short(got), e, short(want), f)
 		}
 		many[e]++
 		if e != api.OK {
 			continue
 		}
-		if again := parsed(t, laid(t, got)); !May(got) || !alike(again, got) {
+		if again := parsed(t, laid(t, got)); !May(got) || !checks.Alike(again, got) {
 			t.Fatalf("%x is parsed as %s, and laid as %s", b, short(got), short(again))
 		}
 	}
@@ -352,7 +352,7 @@ func TestParsedIsLaid(t *testing.T) {
 		h.service, h.cut = 0xB8, 0x2009
 		p := parsed(t, h.bytes(checks.Rising(100)...))
 		b := laid(t, p)
-		if !May(p) || len(b) != 44 || b[0] != 0x45 || b[1] != 0 || !alike(parsed(t, b), p) || !alike(p, at(72, followed(sized(24)))) {
+		if !May(p) || len(b) != 44 || b[0] != 0x45 || b[1] != 0 || !checks.Alike(parsed(t, b), p) || !checks.Alike(p, checks.At(72, checks.Followed(sized(24)))) {
 			t.Errorf("%d words of options: %s, %x", words, short(p), b)
 		}
 	}
@@ -361,7 +361,7 @@ func TestParsedIsLaid(t *testing.T) {
 // P10.2: a check sum of 0, and of FFFF, both of which fit where the others make FFFF.
 func TestSumsOfNothing(t *testing.T) {
 	for id := range 1 << 16 {
-		p := numbered(uint32(id), ordinary(1, 2, 3))
+		p := checks.Numbered(uint32(id), ordinary(1, 2, 3))
 		b := laid(t, p)
 		check := binary.BigEndian.Uint16(b[10:])
 		if check == 0xFFFF {
@@ -370,11 +370,11 @@ func TestSumsOfNothing(t *testing.T) {
 		if check != 0 {
 			continue
 		}
-		if got := parsed(t, b); !alike(got, p) {
+		if got := parsed(t, b); !checks.Alike(got, p) {
 			t.Errorf("%x: %s", b, short(got))
 		}
 		b[10], b[11] = 0xFF, 0xFF
-		if got := parsed(t, b); !alike(got, p) {
+		if got := parsed(t, b); !checks.Alike(got, p) {
 			t.Errorf("%x: %s", b, short(got))
 		}
 		b[11] = 0xFE
@@ -392,7 +392,7 @@ func TestEachBit(t *testing.T) {
 			b[bit/8] ^= 0x80 >> (bit % 8)
 			got, e := Parse(b)
 			b[bit/8] ^= 0x80 >> (bit % 8)
-			if e == api.OK && alike(got, p) || e != api.OK && !nothing(got) {
+			if e == api.OK && checks.Alike(got, p) || e != api.OK && !checks.Nothing(got) {
 				t.Fatalf("%s, with the bit %d turned, is parsed as %s, %v", short(p), bit, short(got), e)
 			}
 			if bit < 4 && e != api.ErrKind || bit > 7 && e != api.ErrSum {
@@ -414,7 +414,7 @@ func TestLongerHeader(t *testing.T) {
 		copy(p.Load, c.first)
 		b := laid(t, p)
 		b[0] ^= c.bit
-		if got := parsed(t, b); alike(got, p) || !bytes.Equal(got.Load, p.Load[c.gone:]) {
+		if got := parsed(t, b); checks.Alike(got, p) || !bytes.Equal(got.Load, p.Load[c.gone:]) {
 			t.Errorf("%x is parsed as %s", b, short(got))
 		}
 	}

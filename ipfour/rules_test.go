@@ -49,7 +49,7 @@ func TestAnyOrder(t *testing.T) {
 
 // R6: a load that is nil, and one that is empty, are laid as one; of no bytes, nil or empty, ErrEnd is told.
 func TestNoLoad(t *testing.T) {
-	for _, p := range []api.Packet{ordinary(), wholly(ordinary()), at(64, followed(ordinary()))} {
+	for _, p := range []api.Packet{ordinary(), checks.Wholly(ordinary()), checks.At(64, checks.Followed(ordinary()))} {
 		q := p
 		q.Load = make([]byte, 0, 10)
 		if !May(p) || !May(q) || !bytes.Equal(laid(t, p), laid(t, q)) || !Same(p, q) {
@@ -80,21 +80,13 @@ func TestListsStay(t *testing.T) {
 		was = slices.Clone(text)
 		got := parsed(t, text[:len(b)])
 		hopped, e := Hop(text[:len(b)])
-		if !bytes.Equal(text, was) || !alike(got, q) {
+		if !bytes.Equal(text, was) || !checks.Alike(got, q) {
 			t.Fatalf("%s: the bytes were written into, or what is behind them counts", short(q))
 		}
 		clear(text)
-		if !alike(got, q) || e == api.OK && !bytes.Equal(hopped, hoppedByWords(b)) {
+		if !checks.Alike(got, q) || e == api.OK && !bytes.Equal(hopped, hoppedByWords(b)) {
 			t.Fatalf("%s: the bytes are kept", short(q))
 		}
-	}
-}
-
-// spoil writes into bytes, and behind them, as far as there is room.
-func spoil(b []byte) {
-	b = b[:cap(b)]
-	for i := range b {
-		b[i] ^= 0x55
 	}
 }
 
@@ -109,18 +101,18 @@ func TestAnswersAreTheCallers(t *testing.T) {
 		b := laid(t, p)
 		text := slices.Clone(b)
 		other := laid(t, p)
-		spoil(b)
-		if !alike(p, was) || !bytes.Equal(other, text) || !bytes.Equal(laid(t, p), text) {
+		checks.Spoil(b)
+		if !checks.Alike(p, was) || !bytes.Equal(other, text) || !bytes.Equal(laid(t, p), text) {
 			t.Fatalf("%s: what is laid is not the caller's", short(was))
 		}
 		room := slices.Concat(text, make([]byte, 50))
 		first, second := parsed(t, room), parsed(t, room)
-		spoil(first.Load)
-		if !alike(second, was) || !bytes.Equal(room[:len(text)], text) || !bytes.Equal(room[len(text):], make([]byte, 50)) {
+		checks.Spoil(first.Load)
+		if !checks.Alike(second, was) || !bytes.Equal(room[:len(text)], text) || !bytes.Equal(room[len(text):], make([]byte, 50)) {
 			t.Fatalf("%s: what is parsed is not the caller's", short(was))
 		}
 		one, two := hopped(t, room), hopped(t, room)
-		spoil(one)
+		checks.Spoil(one)
 		if !bytes.Equal(two, hoppedByWords(room)) || !bytes.Equal(room[:len(text)], text) || !bytes.Equal(room[len(text):], make([]byte, 50)) {
 			t.Fatalf("%s: what hopped is not the caller's", short(was))
 		}
