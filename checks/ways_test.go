@@ -24,6 +24,7 @@ func TestWays(t *testing.T) {
 		{"addr", "variadic array-compared"},
 		{"ipfour", "closure"},
 		{"ipsix", "embedding promoted"},
+		{"opts", "closure array-compared"},
 	} {
 		has := waysOf(t, c.layer)
 		for _, w := range strings.Fields(c.words) {
