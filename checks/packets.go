@@ -6,12 +6,6 @@ import (
 	"downhaul/api"
 )
 
-// With is a packet, something of which is turned.
-func With(p api.Packet, turn func(p *api.Packet)) api.Packet {
-	turn(&p)
-	return p
-}
-
 // Wholly is a packet that is Whole.
 func Wholly(p api.Packet) api.Packet { return With(p, func(p *api.Packet) { p.Whole = true }) }
 

@@ -6,6 +6,14 @@ import (
 	"strings"
 )
 
+// With is something of which something is turned.
+func With[T any](v T, turns ...func(v *T)) T {
+	for _, turn := range turns {
+		turn(&v)
+	}
+	return v
+}
+
 // Bytes are n bytes by chance: chance(m) is a number from 0 on, less than m.
 func Bytes(chance func(m int) int, n int) []byte {
 	b := make([]byte, n)
@@ -62,4 +70,16 @@ func Unhex(text string) []byte {
 		b = append(b, byte(n))
 	}
 	return b
+}
+
+// Sum is the sum of bytes that layer 3 tells, by their rest modulo 2^16 - 1.
+func Sum(b []byte) uint16 {
+	total := 0
+	for i, c := range b {
+		total += int(c) << (8 * (1 - i%2))
+	}
+	if total == 0 {
+		return 0
+	}
+	return uint16((total-1)%65535 + 1)
 }

@@ -25,6 +25,7 @@ func TestWays(t *testing.T) {
 		{"ipfour", "closure"},
 		{"ipsix", "embedding promoted"},
 		{"opts", "closure array-compared"},
+		{"seg", "closure three-index"},
 	} {
 		has := waysOf(t, c.layer)
 		for _, w := range strings.Fields(c.words) {
@@ -164,6 +165,10 @@ func wayOf(n ast.Node) string {
 	case *ast.TypeAssertExpr:
 		if x.Type != nil {
 			return "assertion"
+		}
+	case *ast.SliceExpr:
+		if x.Slice3 {
+			return "three-index"
 		}
 	case *ast.CompositeLit:
 		if isArray(x.Type) && len(x.Elts) > 1 && allLiterals(x.Elts) {

@@ -29,7 +29,7 @@ func hoppedByWords(b []byte) []byte {
 	for _, n := range []uint16{^binary.BigEndian.Uint16(b[10:]), ^binary.BigEndian.Uint16(b[8:]), binary.BigEndian.Uint16(out[8:])} {
 		three = binary.BigEndian.AppendUint16(three, n)
 	}
-	binary.BigEndian.PutUint16(out[10:], ^sumOf(three))
+	binary.BigEndian.PutUint16(out[10:], ^checks.Sum(three))
 	return out
 }
 

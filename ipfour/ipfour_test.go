@@ -148,23 +148,11 @@ func tried(chance *rand.Rand, n int) []api.Packet {
 	return list
 }
 
-// sumOf is the sum of bytes, by their rest modulo 2^16 - 1.
-func sumOf(b []byte) uint16 {
-	total := 0
-	for i, c := range b {
-		total += int(c) << (8 * (1 - i%2))
-	}
-	if total == 0 {
-		return 0
-	}
-	return uint16((total-1)%65535 + 1)
-}
-
 // summed are bytes whose header, as long as they tell, has the check sum that fits.
 func summed(b []byte) []byte {
 	head := b[:min(len(b), 4*int(b[0]&15))]
 	copy(b[10:], []byte{0, 0})
-	binary.BigEndian.PutUint16(b[10:], ^sumOf(head))
+	binary.BigEndian.PutUint16(b[10:], ^checks.Sum(head))
 	return b
 }
 

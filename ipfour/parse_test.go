@@ -27,7 +27,7 @@ func wanted(b []byte) (api.Packet, api.Errno) {
 		return api.Packet{}, api.ErrForm
 	case len(b) < size:
 		return api.Packet{}, api.ErrEnd
-	case sumOf(b[:size]) != 0xFFFF:
+	case checks.Sum(b[:size]) != 0xFFFF:
 		return api.Packet{}, api.ErrSum
 	case all < size:
 		return api.Packet{}, api.ErrForm

@@ -6,6 +6,7 @@ import (
 	"testing"
 
 	"downhaul/api"
+	"downhaul/checks"
 )
 
 // fitByWords are options with as many of their first Sacks as fit, by the chapter's words.
@@ -23,27 +24,27 @@ func fitByWords(o api.Opts) api.Opts {
 
 // P12.3: AO alone, whose MAC is 0: of options without it, with it, and of such that may not be.
 func TestBare(t *testing.T) {
-	p := parts()
+	p := checks.Kinds()
 	steep := func(o *api.Opts) { o.HasScale, o.Scale = true, 255 }
 	for _, c := range []struct{ o, want api.Opts }{
 		{api.Opts{}, api.Opts{}},
-		{with(api.Opts{}, p[0], p[1], p[2], p[3]), api.Opts{}},
-		{with(api.Opts{}, p[0], p[2], runs(4)), api.Opts{}},
-		{with(api.Opts{}, p[4]), api.Opts{HasAO: true, KeyID: 61, NextID: 84}},
-		{full(), api.Opts{HasAO: true, KeyID: 61, NextID: 84}},
-		{with(full(), runs(4)), api.Opts{HasAO: true, KeyID: 61, NextID: 84}},
-		{with(full(), runs(100), steep), api.Opts{HasAO: true, KeyID: 61, NextID: 84}},
-		{with(api.Opts{}, runs(100), steep), api.Opts{}},
+		{checks.With(api.Opts{}, p[0], p[1], p[2], p[3]), api.Opts{}},
+		{checks.With(api.Opts{}, p[0], p[2], checks.Runs(4)), api.Opts{}},
+		{checks.With(api.Opts{}, p[4]), api.Opts{HasAO: true, KeyID: 61, NextID: 84}},
+		{checks.Full(), api.Opts{HasAO: true, KeyID: 61, NextID: 84}},
+		{checks.With(checks.Full(), checks.Runs(4)), api.Opts{HasAO: true, KeyID: 61, NextID: 84}},
+		{checks.With(checks.Full(), checks.Runs(100), steep), api.Opts{HasAO: true, KeyID: 61, NextID: 84}},
+		{checks.With(api.Opts{}, checks.Runs(100), steep), api.Opts{}},
 		{api.Opts{HasAO: true}, api.Opts{HasAO: true}},
 		{api.Opts{HasAO: true, KeyID: 255}, api.Opts{HasAO: true, KeyID: 255}},
 		{api.Opts{HasAO: true, NextID: 255}, api.Opts{HasAO: true, NextID: 255}},
-		{api.Opts{HasAO: true, MAC: mac()}, api.Opts{HasAO: true}},
+		{api.Opts{HasAO: true, MAC: checks.MAC()}, api.Opts{HasAO: true}},
 		// What they do not have is none of theirs.
 		{api.Opts{KeyID: 5}, api.Opts{}},
 		{api.Opts{NextID: 5}, api.Opts{}},
-		{api.Opts{MAC: mac()}, api.Opts{}},
-		{api.Opts{MSS: 9, Scale: 99, Val: 9, Echo: 9, KeyID: 9, NextID: 9, MAC: mac()}, api.Opts{}},
-		{api.Opts{MSS: 9, Scale: 99, Val: 9, Echo: 9, HasAO: true, KeyID: 8, NextID: 9, MAC: mac()}, api.Opts{HasAO: true, KeyID: 8, NextID: 9}},
+		{api.Opts{MAC: checks.MAC()}, api.Opts{}},
+		{api.Opts{MSS: 9, Scale: 99, Val: 9, Echo: 9, KeyID: 9, NextID: 9, MAC: checks.MAC()}, api.Opts{}},
+		{api.Opts{MSS: 9, Scale: 99, Val: 9, Echo: 9, HasAO: true, KeyID: 8, NextID: 9, MAC: checks.MAC()}, api.Opts{HasAO: true, KeyID: 8, NextID: 9}},
 	} {
 		if got := Bare(c.o); !alike(got, c.want) || !May(got) {
 			t.Errorf("Bare(%s) = %s", short(c.o), short(got))
@@ -63,34 +64,34 @@ func TestBare(t *testing.T) {
 
 // P12.3: how many Sacks fit beside what else there is: all of them, some, and none.
 func TestFit(t *testing.T) {
-	p := parts()
+	p := checks.Kinds()
 	for _, c := range []struct {
 		o    api.Opts
 		many int // of a hundred
 	}{
-		{with(api.Opts{}), 4},
-		{with(api.Opts{}, p[0]), 4},
-		{with(api.Opts{}, p[0], p[2]), 4}, // just 40 bytes
-		{with(api.Opts{}, p[1], p[2]), 4},
-		{with(api.Opts{}, p[0], p[1]), 3}, // with four 41
-		{with(api.Opts{}, p[3]), 3},
-		{with(api.Opts{}, p[3], p[0]), 3},       // just 40
-		{with(api.Opts{}, p[3], p[1], p[2]), 2}, // with three 41
-		{with(api.Opts{}, p[3], p[0], p[1], p[2]), 2},
-		{with(api.Opts{}, p[4]), 2},
-		{with(api.Opts{}, p[4], p[0], p[2]), 2}, // just 40
-		{with(api.Opts{}, p[4], p[0], p[1]), 1},
-		{with(api.Opts{}, p[4], p[3]), 1},       // as the document's fourth example has it
-		{with(api.Opts{}, p[4], p[3], p[0]), 1}, // just 40
-		{with(api.Opts{}, p[4], p[3], p[1]), 1},
-		{with(api.Opts{}, p[4], p[3], p[2]), 1},
-		{with(api.Opts{}, p[4], p[3], p[1], p[2]), 0}, // with one 41
-		{with(api.Opts{}, p[4], p[3], p[0], p[2]), 0},
-		{full(), 0},
+		{checks.With(api.Opts{}), 4},
+		{checks.With(api.Opts{}, p[0]), 4},
+		{checks.With(api.Opts{}, p[0], p[2]), 4}, // just 40 bytes
+		{checks.With(api.Opts{}, p[1], p[2]), 4},
+		{checks.With(api.Opts{}, p[0], p[1]), 3}, // with four 41
+		{checks.With(api.Opts{}, p[3]), 3},
+		{checks.With(api.Opts{}, p[3], p[0]), 3},       // just 40
+		{checks.With(api.Opts{}, p[3], p[1], p[2]), 2}, // with three 41
+		{checks.With(api.Opts{}, p[3], p[0], p[1], p[2]), 2},
+		{checks.With(api.Opts{}, p[4]), 2},
+		{checks.With(api.Opts{}, p[4], p[0], p[2]), 2}, // just 40
+		{checks.With(api.Opts{}, p[4], p[0], p[1]), 1},
+		{checks.With(api.Opts{}, p[4], p[3]), 1},       // as the document's fourth example has it
+		{checks.With(api.Opts{}, p[4], p[3], p[0]), 1}, // just 40
+		{checks.With(api.Opts{}, p[4], p[3], p[1]), 1},
+		{checks.With(api.Opts{}, p[4], p[3], p[2]), 1},
+		{checks.With(api.Opts{}, p[4], p[3], p[1], p[2]), 0}, // with one 41
+		{checks.With(api.Opts{}, p[4], p[3], p[0], p[2]), 0},
+		{checks.Full(), 0},
 	} {
 		for n := range 101 {
-			o := with(c.o, runs(n))
-			want := with(c.o, func(q *api.Opts) { q.Sacks = o.Sacks[:min(n, c.many)] })
+			o := checks.With(c.o, checks.Runs(n))
+			want := checks.With(c.o, func(q *api.Opts) { q.Sacks = o.Sacks[:min(n, c.many)] })
 			if got := Fit(o); !alike(got, want) || !May(got) {
 				t.Fatalf("Fit(%s) = %s", short(o), short(got))
 			}
@@ -103,7 +104,7 @@ func TestFitByWords(t *testing.T) {
 	chance := rand.New(rand.NewSource(129))
 	list := tried(chance, 50000)
 	for _, o := range slices.Concat(sets(), wrongs()) {
-		list = append(list, with(o, runs(1)), with(o, runs(4)), with(o, runs(5)), with(o, runs(33)))
+		list = append(list, checks.With(o, checks.Runs(1)), checks.With(o, checks.Runs(4)), checks.With(o, checks.Runs(5)), checks.With(o, checks.Runs(33)))
 	}
 	many := map[int]int{}
 	for _, o := range list {
@@ -117,7 +118,7 @@ func TestFitByWords(t *testing.T) {
 			t.Fatalf("Fit(%s) = %s; May %t", short(o), short(got), May(got))
 		}
 		if n := len(got.Sacks); n < len(o.Sacks) && n < 4 {
-			one := with(got, func(q *api.Opts) { q.Sacks = o.Sacks[:n+1] })
+			one := checks.With(got, func(q *api.Opts) { q.Sacks = o.Sacks[:n+1] })
 			if Size(one) <= 40 {
 				t.Fatalf("Fit(%s) = %s, and one more fits", short(o), short(got))
 			}
@@ -135,20 +136,20 @@ func TestFitByWords(t *testing.T) {
 func TestFitOfMost(t *testing.T) {
 	for _, o := range sets() {
 		for _, n := range []int{0, 1, 4, 5, 100, 1 << 16} {
-			got := Fit(with(o, runs(n)))
+			got := Fit(checks.With(o, checks.Runs(n)))
 			if Size(got) > 40 || len(got.Sacks) > 4 || !May(got) {
 				t.Errorf("Fit of %d Sacks: %s", n, short(got))
 			}
 		}
 	}
-	if got := Fit(with(full(), runs(100))); len(got.Sacks) != 0 || Size(got) != 36 {
+	if got := Fit(checks.With(checks.Full(), checks.Runs(100))); len(got.Sacks) != 0 || Size(got) != 36 {
 		t.Error(short(got))
 	}
 }
 
 // R4, R6: no Sacks fit as none, whatever room there is behind them.
 func TestFitOfNone(t *testing.T) {
-	for _, o := range []api.Opts{{}, full(), {SackOK: true}, {MSS: 5}} {
+	for _, o := range []api.Opts{{}, checks.Full(), {SackOK: true}, {MSS: 5}} {
 		for _, none := range [][]api.Block{nil, {}, make([]api.Block, 9)[:0]} {
 			o.Sacks = none
 			if got := Fit(o); len(got.Sacks) != 0 || !alike(got, o) {

@@ -14,45 +14,13 @@ import (
 	"downhaul/checks"
 )
 
-// with is options, something of which is turned.
-func with(o api.Opts, turns ...func(o *api.Opts)) api.Opts {
-	for _, turn := range turns {
-		turn(&o)
-	}
-	return o
-}
-
-// mac is a MAC of twelve bytes, no two of which are alike.
-func mac() [12]byte { return [12]byte{0xA0, 1, 0xB2, 3, 0xC4, 5, 0xD6, 7, 0xE8, 9, 0xFA, 11} }
-
-// parts give options one more each: all kinds but Sacks, in the order of their numbers.
-func parts() []func(o *api.Opts) {
-	return []func(o *api.Opts){
-		func(o *api.Opts) { o.HasMSS, o.MSS = true, 1460 },
-		func(o *api.Opts) { o.HasScale, o.Scale = true, 7 },
-		func(o *api.Opts) { o.SackOK = true },
-		func(o *api.Opts) { o.HasTime, o.Val, o.Echo = true, 0x01020304, 0xFFEEDDCC },
-		func(o *api.Opts) { o.HasAO, o.KeyID, o.NextID, o.MAC = true, 61, 84, mac() },
-	}
-}
-
-// runs give options n Sacks, no two of which have a number in common.
-func runs(n int) func(o *api.Opts) {
-	return func(o *api.Opts) {
-		o.Sacks = nil
-		for i := range uint32(n) {
-			o.Sacks = append(o.Sacks, api.Block{Left: 0x10203040 + i<<24, Right: 0xF0E0D0C0 - i<<16})
-		}
-	}
-}
-
 // sets are all sets of options, with none to four Sacks: some have more than 40 bytes.
 func sets() []api.Opts {
 	var out []api.Opts
-	for bits := range 1 << len(parts()) {
+	for bits := range 1 << len(checks.Kinds()) {
 		for n := range 5 {
-			o := with(api.Opts{}, runs(n))
-			for i, part := range parts() {
+			o := checks.With(api.Opts{}, checks.Runs(n))
+			for i, part := range checks.Kinds() {
 				if bits>>i&1 == 1 {
 					part(&o)
 				}
@@ -62,9 +30,6 @@ func sets() []api.Opts {
 	}
 	return out
 }
-
-// full is what has an option of each kind that fits beside the others: its bytes are 36, filled up.
-func full() api.Opts { return with(api.Opts{}, parts()...) }
 
 // ends are options whose fields are at their ends, each alone and beside others.
 func ends() []api.Opts {
@@ -83,14 +48,14 @@ func ends() []api.Opts {
 	}
 	for _, n := range []uint8{0, 1, 127, 128, 255} {
 		for _, m := range []uint8{0, 1, 127, 128, 255} {
-			for _, sum := range [][12]byte{{}, mac(), [12]byte(bytes.Repeat([]byte{255}, 12)), {11: 1}, {1}, {29, 16, 0, 0, 1, 5, 10}} {
+			for _, sum := range [][12]byte{{}, checks.MAC(), [12]byte(bytes.Repeat([]byte{255}, 12)), {11: 1}, {1}, {29, 16, 0, 0, 1, 5, 10}} {
 				turns = append(turns, func(o *api.Opts) { o.HasAO, o.KeyID, o.NextID, o.MAC = true, n, m, sum })
 			}
 		}
 	}
 	var out []api.Opts
 	for _, turn := range turns {
-		out = append(out, with(api.Opts{}, turn), with(full(), turn), with(api.Opts{}, runs(1), turn))
+		out = append(out, checks.With(api.Opts{}, turn), checks.With(checks.Full(), turn), checks.With(api.Opts{}, checks.Runs(1), turn))
 	}
 	for _, n := range greatest {
 		for _, m := range greatest {
@@ -115,48 +80,18 @@ func edges() []api.Opts {
 	return append(out, api.Opts{Sacks: []api.Block{}})
 }
 
-// strays tell something of what options do not have, each alone.
-func strays() []func(o *api.Opts) {
-	out := []func(o *api.Opts){
-		func(o *api.Opts) { o.HasMSS, o.MSS = false, 1 },
-		func(o *api.Opts) { o.HasMSS, o.MSS = false, 1<<15 },
-		func(o *api.Opts) { o.HasMSS, o.MSS = false, math.MaxUint16 },
-		func(o *api.Opts) { o.HasScale, o.Scale = false, 1 },
-		func(o *api.Opts) { o.HasScale, o.Scale = false, 14 },
-		func(o *api.Opts) { o.HasTime, o.Val, o.Echo = false, 1, 0 },
-		func(o *api.Opts) { o.HasTime, o.Val, o.Echo = false, 1<<31, 0 },
-		func(o *api.Opts) { o.HasTime, o.Val, o.Echo = false, 0, 1 },
-		func(o *api.Opts) { o.HasTime, o.Val, o.Echo = false, 0, 1<<31 },
-		func(o *api.Opts) { o.HasTime, o.Val, o.Echo = false, 5, 5 },
-		func(o *api.Opts) { o.HasAO, o.KeyID, o.NextID, o.MAC = false, 1, 0, [12]byte{} },
-		func(o *api.Opts) { o.HasAO, o.KeyID, o.NextID, o.MAC = false, 255, 0, [12]byte{} },
-		func(o *api.Opts) { o.HasAO, o.KeyID, o.NextID, o.MAC = false, 0, 1, [12]byte{} },
-		func(o *api.Opts) { o.HasAO, o.KeyID, o.NextID, o.MAC = false, 0, 255, [12]byte{} },
-		func(o *api.Opts) { o.HasAO, o.KeyID, o.NextID, o.MAC = false, 1, 1, mac() },
-	}
-	for i := range 12 {
-		for _, c := range []byte{1, 128} {
-			out = append(out, func(o *api.Opts) {
-				o.HasAO, o.KeyID, o.NextID, o.MAC = false, 0, 0, [12]byte{}
-				o.MAC[i] = c
-			})
-		}
-	}
-	return out
-}
-
 // wrongs are options that may not be, most of them for one reason.
 func wrongs() []api.Opts {
 	var out []api.Opts
-	for _, stray := range strays() {
-		out = append(out, with(api.Opts{}, stray), with(full(), stray), with(api.Opts{}, runs(2), stray))
+	for _, stray := range checks.Strays() {
+		out = append(out, checks.With(api.Opts{}, stray), checks.With(checks.Full(), stray), checks.With(api.Opts{}, checks.Runs(2), stray))
 	}
 	for n := 15; n < 256; n++ {
 		steep := func(o *api.Opts) { o.HasScale, o.Scale = true, uint8(n) }
-		out = append(out, with(api.Opts{}, steep), with(full(), steep), api.Opts{Scale: uint8(n)})
+		out = append(out, checks.With(api.Opts{}, steep), checks.With(checks.Full(), steep), api.Opts{Scale: uint8(n)})
 	}
 	for _, n := range []int{5, 6, 7, 31, 32, 33, 64, 100, 8192, 1 << 16} {
-		out = append(out, with(api.Opts{}, runs(n)), with(full(), runs(n)))
+		out = append(out, checks.With(api.Opts{}, checks.Runs(n)), checks.With(checks.Full(), checks.Runs(n)))
 	}
 	for _, o := range sets() {
 		if len(spelt(o)) > 40 {
@@ -245,7 +180,7 @@ func byChance(chance *rand.Rand) api.Opts {
 		o.MAC = [12]byte(checks.Bytes(chance.Intn, 12))
 	}
 	if chance.Intn(10) == 0 {
-		all := strays()
+		all := checks.Strays()
 		all[chance.Intn(len(all))](&o)
 	}
 	if chance.Intn(20) == 0 {
@@ -295,9 +230,9 @@ func TestKnownBytes(t *testing.T) {
 		{api.Opts{Sacks: make([]api.Block, 4)}, "0522" + "0000000000000000000000000000000000000000000000000000000000000000" + "0000"},
 		{api.Opts{HasAO: true}, "1d100000 000000000000000000000000"},
 		{api.Opts{HasAO: true, KeyID: 1, NextID: 255, MAC: [12]byte{1, 2, 3, 4, 5, 6, 7, 8, 9, 10, 11, 12}}, "1d1001ff 0102030405060708090a0b0c"},
-		{with(api.Opts{}, parts()...), "020405b4 030307 0402 080a01020304ffeeddcc 1d103d54a001b203c405d607e809fa0b 00"},
-		{with(api.Opts{SackOK: true, Sacks: []api.Block{{Left: 1, Right: 2}, {Left: 3, Right: 4}, {Left: 5, Right: 6}, {Left: 7, Right: 8}}}, parts()[0]), "020405b4 0402 05220000000100000002000000030000000400000005000000060000000700000008"},
-		{with(api.Opts{Sacks: []api.Block{{Left: 1, Right: 2}}}, parts()[3:]...), "080a01020304ffeeddcc 050a0000000100000002 1d103d54a001b203c405d607e809fa0b"},
+		{checks.With(api.Opts{}, checks.Kinds()...), "020405b4 030307 0402 080a01020304ffeeddcc 1d103d54a001b203c405d607e809fa0b 00"},
+		{checks.With(api.Opts{SackOK: true, Sacks: []api.Block{{Left: 1, Right: 2}, {Left: 3, Right: 4}, {Left: 5, Right: 6}, {Left: 7, Right: 8}}}, checks.Kinds()[0]), "020405b4 0402 05220000000100000002000000030000000400000005000000060000000700000008"},
+		{checks.With(api.Opts{Sacks: []api.Block{{Left: 1, Right: 2}}}, checks.Kinds()[3:]...), "080a01020304ffeeddcc 050a0000000100000002 1d103d54a001b203c405d607e809fa0b"},
 	} {
 		want := checks.Unhex(c.want)
 		if got := laid(t, c.o); !bytes.Equal(got, want) || Size(c.o) != len(want) || !May(c.o) {
@@ -347,35 +282,35 @@ func TestMay(t *testing.T) {
 
 // P12.1: as many bytes 0 as make it a multiple of four: none to three; just 40 bytes, and the least that are more.
 func TestFilledUp(t *testing.T) {
-	p := parts()
+	p := checks.Kinds()
 	for _, c := range []struct {
 		o    api.Opts
 		size int
 		fill int
 		may  bool
 	}{
-		{with(api.Opts{}), 0, 0, true},
-		{with(api.Opts{}, p[0]), 4, 0, true},
-		{with(api.Opts{}, p[1]), 4, 1, true},
-		{with(api.Opts{}, p[2]), 4, 2, true},
-		{with(api.Opts{}, p[1], p[2]), 8, 3, true},
-		{with(api.Opts{}, p[4]), 16, 0, true},
-		{with(api.Opts{}, p...), 36, 1, true},
-		{with(api.Opts{}, p[0], p[2], runs(4)), 40, 0, true},
-		{with(api.Opts{}, p[1], runs(4)), 40, 3, true},
-		{with(api.Opts{}, p[1], p[2], runs(4)), 40, 1, true},
-		{with(api.Opts{}, p[4], p[0], p[2], runs(2)), 40, 0, true},
-		{with(api.Opts{}, p[4], p[1], p[2], runs(2)), 40, 1, true},
-		{with(api.Opts{}, p[4], p[3], p[0], runs(1)), 40, 0, true},
-		{with(api.Opts{}, p[3], runs(3)), 36, 0, true},
-		{with(api.Opts{}, p[3], p[0], runs(3)), 40, 0, true},
-		{with(api.Opts{}, p[0], p[1], runs(4)), 44, 3, false},       // 41 bytes
-		{with(api.Opts{}, p[3], p[1], p[2], runs(3)), 44, 3, false}, // 41 bytes
-		{with(api.Opts{}, p[4], runs(3)), 44, 2, false},             // 42 bytes
-		{with(api.Opts{}, runs(5)), 44, 2, false},
-		{with(api.Opts{}, p[3], runs(4)), 44, 0, false},
-		{with(api.Opts{}, p[4], p[3], runs(2)), 44, 0, false},
-		{with(api.Opts{}, append(p, runs(4))...), 72, 3, false},
+		{checks.With(api.Opts{}), 0, 0, true},
+		{checks.With(api.Opts{}, p[0]), 4, 0, true},
+		{checks.With(api.Opts{}, p[1]), 4, 1, true},
+		{checks.With(api.Opts{}, p[2]), 4, 2, true},
+		{checks.With(api.Opts{}, p[1], p[2]), 8, 3, true},
+		{checks.With(api.Opts{}, p[4]), 16, 0, true},
+		{checks.With(api.Opts{}, p...), 36, 1, true},
+		{checks.With(api.Opts{}, p[0], p[2], checks.Runs(4)), 40, 0, true},
+		{checks.With(api.Opts{}, p[1], checks.Runs(4)), 40, 3, true},
+		{checks.With(api.Opts{}, p[1], p[2], checks.Runs(4)), 40, 1, true},
+		{checks.With(api.Opts{}, p[4], p[0], p[2], checks.Runs(2)), 40, 0, true},
+		{checks.With(api.Opts{}, p[4], p[1], p[2], checks.Runs(2)), 40, 1, true},
+		{checks.With(api.Opts{}, p[4], p[3], p[0], checks.Runs(1)), 40, 0, true},
+		{checks.With(api.Opts{}, p[3], checks.Runs(3)), 36, 0, true},
+		{checks.With(api.Opts{}, p[3], p[0], checks.Runs(3)), 40, 0, true},
+		{checks.With(api.Opts{}, p[0], p[1], checks.Runs(4)), 44, 3, false},       // 41 bytes
+		{checks.With(api.Opts{}, p[3], p[1], p[2], checks.Runs(3)), 44, 3, false}, // 41 bytes
+		{checks.With(api.Opts{}, p[4], checks.Runs(3)), 44, 2, false},             // 42 bytes
+		{checks.With(api.Opts{}, checks.Runs(5)), 44, 2, false},
+		{checks.With(api.Opts{}, p[3], checks.Runs(4)), 44, 0, false},
+		{checks.With(api.Opts{}, p[4], p[3], checks.Runs(2)), 44, 0, false},
+		{checks.With(api.Opts{}, append(p, checks.Runs(4))...), 72, 3, false},
 	} {
 		if got := Size(c.o); got != c.size || May(c.o) != c.may {
 			t.Errorf("%s: %d bytes, not %d; May %t", short(c.o), got, c.size, May(c.o))
@@ -398,15 +333,15 @@ func TestSizeOfAny(t *testing.T) {
 		o    api.Opts
 		want int
 	}{
-		{with(api.Opts{}, runs(5)), 44},
-		{with(api.Opts{}, runs(100)), 804},
-		{with(api.Opts{}, runs(31)), 252},
-		{with(api.Opts{}, runs(32)), 260},
-		{with(full(), runs(5)), 80},
-		{with(full(), runs(100)), 840},
-		{with(api.Opts{}, runs(1<<20)), 8<<20 + 4},
-		{api.Opts{MSS: 9, Scale: 99, Val: 9, Echo: 9, KeyID: 9, NextID: 9, MAC: mac()}, 0},
-		{api.Opts{MSS: 9, Scale: 99, Val: 9, Echo: 9, KeyID: 9, NextID: 9, MAC: mac(), SackOK: true}, 4},
+		{checks.With(api.Opts{}, checks.Runs(5)), 44},
+		{checks.With(api.Opts{}, checks.Runs(100)), 804},
+		{checks.With(api.Opts{}, checks.Runs(31)), 252},
+		{checks.With(api.Opts{}, checks.Runs(32)), 260},
+		{checks.With(checks.Full(), checks.Runs(5)), 80},
+		{checks.With(checks.Full(), checks.Runs(100)), 840},
+		{checks.With(api.Opts{}, checks.Runs(1<<20)), 8<<20 + 4},
+		{api.Opts{MSS: 9, Scale: 99, Val: 9, Echo: 9, KeyID: 9, NextID: 9, MAC: checks.MAC()}, 0},
+		{api.Opts{MSS: 9, Scale: 99, Val: 9, Echo: 9, KeyID: 9, NextID: 9, MAC: checks.MAC(), SackOK: true}, 4},
 		{api.Opts{HasScale: true, Scale: 255}, 4},
 	} {
 		if got := Size(c.o); got != c.want || May(c.o) {
@@ -414,77 +349,29 @@ func TestSizeOfAny(t *testing.T) {
 		}
 	}
 	for n := range 300 {
-		if got := Size(with(api.Opts{}, parts()[2], runs(n))); got != 4+8*n && n > 0 || n == 0 && got != 4 {
+		if got := Size(checks.With(api.Opts{}, checks.Kinds()[2], checks.Runs(n))); got != 4+8*n && n > 0 || n == 0 && got != 4 {
 			t.Errorf("%d Sacks: %d bytes", n, got)
 		}
 	}
 }
 
-// turned are options that differ from others in one field alone, or in one of the Sacks, each once.
-func turned(o api.Opts) []api.Opts {
-	turns := []func(o *api.Opts){
-		func(o *api.Opts) { o.HasMSS = !o.HasMSS },
-		func(o *api.Opts) { o.MSS ^= 1 },
-		func(o *api.Opts) { o.MSS ^= 1 << 15 },
-		func(o *api.Opts) { o.HasScale = !o.HasScale },
-		func(o *api.Opts) { o.Scale ^= 1 },
-		func(o *api.Opts) { o.Scale ^= 128 },
-		func(o *api.Opts) { o.SackOK = !o.SackOK },
-		func(o *api.Opts) { o.HasTime = !o.HasTime },
-		func(o *api.Opts) { o.Val ^= 1 },
-		func(o *api.Opts) { o.Val ^= 1 << 31 },
-		func(o *api.Opts) { o.Echo ^= 1 },
-		func(o *api.Opts) { o.Echo ^= 1 << 31 },
-		func(o *api.Opts) { o.HasAO = !o.HasAO },
-		func(o *api.Opts) { o.KeyID ^= 1 },
-		func(o *api.Opts) { o.KeyID ^= 128 },
-		func(o *api.Opts) { o.NextID ^= 1 },
-		func(o *api.Opts) { o.NextID ^= 128 },
-		func(o *api.Opts) { o.Sacks = append(slices.Clone(o.Sacks), api.Block{}) },
-		func(o *api.Opts) { o.Sacks = append([]api.Block{{Left: 1, Right: 1}}, o.Sacks...) },
-	}
-	for i := range 12 {
-		turns = append(turns, func(o *api.Opts) { o.MAC[i] ^= 1 }, func(o *api.Opts) { o.MAC[i] ^= 128 })
-	}
-	for i := range o.Sacks {
-		for _, bit := range []uint32{1, 1 << 31} {
-			turns = append(turns, func(o *api.Opts) { o.Sacks = slices.Clone(o.Sacks); o.Sacks[i].Left ^= bit })
-			turns = append(turns, func(o *api.Opts) { o.Sacks = slices.Clone(o.Sacks); o.Sacks[i].Right ^= bit })
-		}
-	}
-	if n := len(o.Sacks); n > 0 {
-		turns = append(turns, func(o *api.Opts) { o.Sacks = o.Sacks[:n-1] }, func(o *api.Opts) { o.Sacks = o.Sacks[1:] }, func(o *api.Opts) { o.Sacks = nil })
-	}
-	if n := len(o.Sacks); n > 1 && o.Sacks[0] != o.Sacks[n-1] {
-		turns = append(turns, func(o *api.Opts) {
-			o.Sacks = slices.Clone(o.Sacks)
-			o.Sacks[0], o.Sacks[n-1] = o.Sacks[n-1], o.Sacks[0]
-		})
-	}
-	var out []api.Opts
-	for _, turn := range turns {
-		out = append(out, with(o, turn))
-	}
-	return out
-}
-
 // P12.1, R6: the same are the same, and what differs in one field alone is not; no Sacks, and Sacks of length 0, are the same.
 func TestSame(t *testing.T) {
-	list := append(edges(), with(full(), runs(4)), with(full(), runs(100)))
-	list = append(list, api.Opts{MSS: 9, Scale: 99, Val: 9, Echo: 9, KeyID: 9, NextID: 9, MAC: mac()})
+	list := append(edges(), checks.With(checks.Full(), checks.Runs(4)), checks.With(checks.Full(), checks.Runs(100)))
+	list = append(list, api.Opts{MSS: 9, Scale: 99, Val: 9, Echo: 9, KeyID: 9, NextID: 9, MAC: checks.MAC()})
 	for _, o := range list {
 		other := o
 		other.Sacks = slices.Clone(o.Sacks)
 		if !Same(o, o) || !Same(o, other) || !Same(other, o) {
 			t.Fatalf("%s is not the same as itself", short(o))
 		}
-		for _, q := range turned(o) {
+		for _, q := range checks.Differing(o) {
 			if Same(o, q) || Same(q, o) {
 				t.Fatalf("%s and %s are the same", short(o), short(q))
 			}
 		}
 	}
-	for _, o := range []api.Opts{{}, full(), {SackOK: true}} {
+	for _, o := range []api.Opts{{}, checks.Full(), {SackOK: true}} {
 		none, empty, room := o, o, o
 		empty.Sacks, room.Sacks = []api.Block{}, make([]api.Block, 9)[:0]
 		for _, a := range []api.Opts{none, empty, room} {

@@ -212,8 +212,8 @@ func TestFillers(t *testing.T) {
 			t.Errorf("%d fillers: %s", n, short(got))
 		}
 	}
-	p := parts()
-	want := with(api.Opts{}, p[0], p[1], p[2], p[3])
+	p := checks.Kinds()
+	want := checks.With(api.Opts{}, p[0], p[1], p[2], p[3])
 	pieces := [][]byte{{2, 4, 5, 180}, {3, 3, 7}, {4, 2}, {8, 10, 1, 2, 3, 4, 255, 238, 221, 204}}
 	for n := range 5 {
 		fill := bytes.Repeat([]byte{1}, n)

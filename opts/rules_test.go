@@ -41,15 +41,6 @@ func TestAnyOrder(t *testing.T) {
 	}
 }
 
-// spoil writes into Sacks, and behind them, as far as there is room.
-func spoil(list []api.Block) {
-	list = list[:cap(list)]
-	for i := range list {
-		list[i].Left ^= 0x55555555
-		list[i].Right ^= 0x55555555
-	}
-}
-
 // R4: what is handed in stays as it was, also behind its end; what stands there does not count, and nothing is kept.
 func TestListsStay(t *testing.T) {
 	chance := rand.New(rand.NewSource(131))
@@ -57,7 +48,7 @@ func TestListsStay(t *testing.T) {
 		if len(o.Sacks) > 100 {
 			continue
 		}
-		room := slices.Concat(o.Sacks, with(api.Opts{}, runs(6)).Sacks)
+		room := slices.Concat(o.Sacks, checks.With(api.Opts{}, checks.Runs(6)).Sacks)
 		was := slices.Clone(room)
 		want := o
 		want.Sacks = slices.Clone(o.Sacks)
@@ -101,19 +92,19 @@ func TestAnswersAreTheCallers(t *testing.T) {
 		}
 		room := append(slices.Clone(text), 0, 1, 2)[:len(text)]
 		first, second := parsed(t, room), parsed(t, room)
-		spoil(first.Sacks)
+		checks.SpoilRuns(first.Sacks)
 		if !alike(second, was) || !bytes.Equal(room[:len(text)+3], append(slices.Clone(text), 0, 1, 2)) || !alike(parsed(t, room), was) {
 			t.Fatalf("%s: what is parsed is not the caller's", short(was))
 		}
 	}
-	for _, o := range append(sets(), with(full(), runs(100)), with(api.Opts{}, runs(5)), with(api.Opts{}, runs(100))) {
+	for _, o := range append(sets(), checks.With(checks.Full(), checks.Runs(100)), checks.With(api.Opts{}, checks.Runs(5)), checks.With(api.Opts{}, checks.Runs(100))) {
 		o.Sacks = slices.Grow(o.Sacks, 4)
 		was := o
 		was.Sacks = slices.Clone(o.Sacks)
 		behind := o.Sacks[:cap(o.Sacks)]
 		kept := slices.Clone(behind)
 		one, two := Fit(o), Fit(o)
-		spoil(one.Sacks)
+		checks.SpoilRuns(one.Sacks)
 		if !alike(o, was) || !slices.Equal(behind, kept) || !alike(two, fitByWords(was)) {
 			t.Fatalf("%s: what fits is not the caller's", short(was))
 		}
