@@ -2,6 +2,7 @@
 package checks
 
 import (
+	"slices"
 	"strconv"
 	"strings"
 )
@@ -12,6 +13,22 @@ func With[T any](v T, turns ...func(v *T)) T {
 		turn(&v)
 	}
 	return v
+}
+
+// Again asks n questions one after the other, and then all of them again, the last one first; it tells which are answered otherwise then.
+func Again[Q any, A comparable](n int, ask func() Q, answers func(q Q) A, otherwise func(q Q, first, then A)) {
+	var asked []Q
+	var told []A
+	for range n {
+		q := ask()
+		asked = append(asked, q)
+		told = append(told, answers(q))
+	}
+	for i, q := range slices.Backward(asked) {
+		if then := answers(q); then != told[i] {
+			otherwise(q, told[i], then)
+		}
+	}
 }
 
 // Bytes are n bytes by chance: chance(m) is a number from 0 on, less than m.

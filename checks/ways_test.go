@@ -26,6 +26,7 @@ func TestWays(t *testing.T) {
 		{"ipsix", "embedding promoted"},
 		{"opts", "closure array-compared"},
 		{"seg", "closure three-index"},
+		{"icmp", "iota"},
 	} {
 		has := waysOf(t, c.layer)
 		for _, w := range strings.Fields(c.words) {

@@ -10,14 +10,20 @@ import (
 	"downhaul/checks"
 )
 
-// told is all that the calls tell of two packets, and of bytes.
-func told(p, q api.Packet, b []byte) [12]any {
-	laid, e := Lay(p)
-	parsed, f := Parse(b)
-	hopped, g := Hop(b)
+// question is what all calls are asked about: two packets, and bytes.
+type question struct {
+	p, other api.Packet
+	b        []byte
+}
+
+// told is all that the calls tell of it.
+func (q question) told() [12]any {
+	laid, e := Lay(q.p)
+	parsed, f := Parse(q.b)
+	hopped, g := Hop(q.b)
 	load := string(parsed.Load)
 	parsed.Load = nil
-	return [12]any{May(p), Same(p, q), string(laid), e, parsed.Src, parsed.Dst, short(parsed), load, f, string(hopped), g}
+	return [12]any{May(q.p), Same(q.p, q.other), string(laid), e, parsed.Src, parsed.Dst, short(parsed), load, f, string(hopped), g}
 }
 
 // R3, R7: calls in any order, and again, wrong ones among them, answer the same.
@@ -25,26 +31,16 @@ func TestAnyOrder(t *testing.T) {
 	chance := rand.New(rand.NewSource(110))
 	list := slices.Concat(edges(), wrongs())
 	list = slices.DeleteFunc(list, func(p api.Packet) bool { return len(p.Load) > 2000 })
-	type question struct {
-		p, q api.Packet
-		b    []byte
-	}
-	var asked []question
-	var answers [][12]any
-	for range 2000 {
+	ask := func() question {
 		b := laid(t, byChance(chance, 60))
 		if chance.Intn(2) == 0 {
 			b[chance.Intn(len(b))] ^= 1 << chance.Intn(8)
 		}
-		q := question{list[chance.Intn(len(list))], list[chance.Intn(len(list))], b[:max(0, len(b)-chance.Intn(4))]}
-		asked = append(asked, q)
-		answers = append(answers, told(q.p, q.q, q.b))
+		return question{list[chance.Intn(len(list))], list[chance.Intn(len(list))], b[:max(0, len(b)-chance.Intn(4))]}
 	}
-	for i, q := range slices.Backward(asked) {
-		if again := told(q.p, q.q, q.b); again != answers[i] {
-			t.Fatalf("%s, %x: first %q, then %q", short(q.p), q.b, answers[i], again)
-		}
-	}
+	checks.Again(2000, ask, question.told, func(q question, first, then [12]any) {
+		t.Fatalf("%s, %x: first %q, then %q", short(q.p), q.b, first, then)
+	})
 }
 
 // R6: a load that is nil, and one that is empty, are laid as one; of no bytes, nil or empty, ErrEnd is told.

@@ -33,21 +33,16 @@ func TestAnyOrder(t *testing.T) {
 	chance := rand.New(rand.NewSource(122))
 	list := slices.Concat(edges(), wrongs())
 	list = slices.DeleteFunc(list, func(p api.Packet) bool { return len(p.Load) > 2000 })
-	var asked []question
-	var answers [][11]any
-	for range 2000 {
+	ask := func() question {
 		q := question{list[chance.Intn(len(list))], someBytes(chance), lengthy[chance.Intn(3)], make([]byte, 6+4*chance.Intn(3))}
 		if chance.Intn(2) == 0 {
 			q.b = laid(t, byChance(chance, 60))
 		}
-		asked = append(asked, q)
-		answers = append(answers, q.told())
+		return q
 	}
-	for i, q := range slices.Backward(asked) {
-		if again := q.told(); again != answers[i] {
-			t.Fatalf("%s, %x: first %q, then %q", short(q.p), q.b, answers[i], again)
-		}
-	}
+	checks.Again(2000, ask, question.told, func(q question, first, then [11]any) {
+		t.Fatalf("%s, %x: first %q, then %q", short(q.p), q.b, first, then)
+	})
 }
 
 // R4: what is handed in stays as it was, also behind its end; what stands there does not count, and nothing is kept.

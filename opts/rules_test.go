@@ -27,18 +27,12 @@ func (q question) answers() [11]any {
 func TestAnyOrder(t *testing.T) {
 	chance := rand.New(rand.NewSource(130))
 	list := tried(chance, 2000)
-	var asked []question
-	var told [][11]any
-	for range 5000 {
-		q := question{list[chance.Intn(len(list))], list[chance.Intn(len(list))], someBytes(chance)}
-		asked = append(asked, q)
-		told = append(told, q.answers())
+	ask := func() question {
+		return question{list[chance.Intn(len(list))], list[chance.Intn(len(list))], someBytes(chance)}
 	}
-	for i, q := range slices.Backward(asked) {
-		if again := q.answers(); again != told[i] {
-			t.Fatalf("%s, %x: first %v, then %v", short(q.o), q.b, told[i], again)
-		}
-	}
+	checks.Again(5000, ask, question.answers, func(q question, first, then [11]any) {
+		t.Fatalf("%s, %x: first %v, then %v", short(q.o), q.b, first, then)
+	})
 }
 
 // R4: what is handed in stays as it was, also behind its end; what stands there does not count, and nothing is kept.

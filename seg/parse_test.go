@@ -14,7 +14,7 @@ import (
 )
 
 // wanted is the segment of bytes by the chapter's words.
-func wanted(w way, b []byte) (api.Seg, api.Errno) {
+func wanted(w checks.Way, b []byte) (api.Seg, api.Errno) {
 	if len(b) < 20 {
 		return api.Seg{}, api.ErrEnd
 	}
@@ -24,7 +24,7 @@ func wanted(w way, b []byte) (api.Seg, api.Errno) {
 		return api.Seg{}, api.ErrForm
 	case len(b) < size:
 		return api.Seg{}, api.ErrEnd
-	case sum(w, b) != 0xFFFF:
+	case w.Sum(6, b) != 0xFFFF:
 		return api.Seg{}, api.ErrSum
 	}
 	o, e := opts.Parse(b[20:size])
@@ -42,9 +42,9 @@ func wanted(w way, b []byte) (api.Seg, api.Errno) {
 }
 
 // parsed is the segment of bytes that must be one.
-func parsed(t *testing.T, w way, b []byte) api.Seg {
+func parsed(t *testing.T, w checks.Way, b []byte) api.Seg {
 	t.Helper()
-	s, e := Parse(w.src, w.dst, b)
+	s, e := Parse(w.Src, w.Dst, b)
 	if e != api.OK {
 		t.Fatalf("Parse(%x, %d bytes): %v", b[:min(len(b), 80)], len(b), e)
 	}
@@ -52,17 +52,17 @@ func parsed(t *testing.T, w way, b []byte) api.Seg {
 }
 
 // refuse holds that bytes are told an error of, and nothing besides.
-func refuse(t *testing.T, what string, w way, b []byte, want api.Errno) {
+func refuse(t *testing.T, what string, w checks.Way, b []byte, want api.Errno) {
 	t.Helper()
-	if s, e := Parse(w.src, w.dst, b); e != want || !alike(s, api.Seg{}) || s.Data != nil {
+	if s, e := Parse(w.Src, w.Dst, b); e != want || !alike(s, api.Seg{}) || s.Data != nil {
 		t.Errorf("%s: Parse(%x, %d bytes) = %s, %v, not %v", what, b[:min(len(b), 80)], len(b), brief(s), e, want)
 	}
 }
 
 // checked holds that bytes are parsed as by the chapter's words, and that what is parsed may be and is laid as a segment that is parsed as it; it is the error.
-func checked(t *testing.T, w way, b []byte) api.Errno {
+func checked(t *testing.T, w checks.Way, b []byte) api.Errno {
 	t.Helper()
-	got, e := Parse(w.src, w.dst, b)
+	got, e := Parse(w.Src, w.Dst, b)
 	want, f := wanted(w, b)
 	if e != f || !alike(got, want) {
 		t.Fatalf("Parse(%x, %d bytes) = %s, %v, not %s, %v", b[:min(len(b), 80)], len(b), brief(got), e, brief(want), f)
@@ -74,14 +74,14 @@ func checked(t *testing.T, w way, b []byte) api.Errno {
 }
 
 // raw are the bytes of an ordinary segment with these options, which fill a header with others, and this data.
-func raw(w way, options, data []byte) []byte {
+func raw(w checks.Way, options, data []byte) []byte {
 	s := ordinary()
 	b := []byte{byte(s.Src >> 8), byte(s.Src), byte(s.Dst >> 8), byte(s.Dst), 1, 2, 3, 4, 0xA0, 0xB0, 0xC0, 0xD0, byte(5+len(options)/4) << 4, s.Flags, 1, 0xF5, 0, 0, 0, 0}
 	return summed(w, slices.Concat(b, options, data))
 }
 
 // told are bytes whose byte at 12 is another one, with a check sum that fits.
-func told(w way, b []byte, c byte) []byte {
+func told(w checks.Way, b []byte, c byte) []byte {
 	b = slices.Clone(b)
 	b[12] = c
 	return summed(w, b)
@@ -103,7 +103,7 @@ func TestKnownSegments(t *testing.T) {
 	}
 	// Options in the order of others, with fillers.
 	o := api.Opts{HasMSS: true, MSS: 1460, HasScale: true, Scale: 8, SackOK: true, HasTime: true, Val: 0x155AB7}
-	for _, w := range ways() {
+	for _, w := range checks.Ways() {
 		b := raw(w, checks.Unhex("020405b4 01 030308 0402 080a00155ab700000000"), []byte("hello"))
 		if got := parsed(t, w, b); !alike(got, choosing(o, ordinary([]byte("hello")...))) {
 			t.Errorf("%x is parsed as %s", b, brief(got))
@@ -114,7 +114,7 @@ func TestKnownSegments(t *testing.T) {
 // P13.2, P13.5: what is laid is parsed, between the same addresses.
 func TestLaidIsParsed(t *testing.T) {
 	for _, s := range tried(rand.New(rand.NewSource(136)), 3000) {
-		list := ways()
+		list := checks.Ways()
 		if len(s.Data) > 1000 {
 			list = list[:2]
 		}
@@ -137,7 +137,7 @@ func TestHeaders(t *testing.T) {
 		for i, options := range fills {
 			want := []api.Opts{{}, {}, {}, {HasMSS: true, MSS: 1460}, {SackOK: true}}[i]
 			for _, n := range []int{0, 1, 2, 3, 4, 16, 535, 536, 16383, 16384} {
-				for _, w := range ways()[:2] {
+				for _, w := range checks.Ways()[:2] {
 					b := raw(w, options, checks.Rising(n))
 					if got := parsed(t, w, b); !alike(got, choosing(want, sized(n))) || len(b) != 20+4*words+n || int(b[12]) != 80+16*words {
 						t.Errorf("%x is parsed as %s", b[:min(len(b), 80)], brief(got))
@@ -148,8 +148,8 @@ func TestHeaders(t *testing.T) {
 	}
 	// With the most options, and the most data.
 	full := choosing(options()[12], sized(16384))
-	b := raw(six(), slices.Concat([]byte{2, 4, 5, 180, 4, 2, 5, 34}, spelt(t, four(), full)[28:60]), full.Data)
-	if got := parsed(t, six(), b); !alike(got, full) || len(got.Opts.Sacks) != 4 || b[12] != 0xF0 {
+	b := raw(checks.SixWay(), slices.Concat([]byte{2, 4, 5, 180, 4, 2, 5, 34}, spelt(t, checks.FourWay(), full)[28:60]), full.Data)
+	if got := parsed(t, checks.SixWay(), b); !alike(got, full) || len(got.Opts.Sacks) != 4 || b[12] != 0xF0 {
 		t.Error(brief(got))
 	}
 }
@@ -157,7 +157,7 @@ func TestHeaders(t *testing.T) {
 // P13.2, P13.6: each lower half of the byte at 12, and each bit of it, tell nothing, and neither do the highest bits of the flags: they are laid as 0.
 func TestBitsThatTellNothing(t *testing.T) {
 	for _, s := range []api.Seg{{}, sized(7), choosing(checks.Full(), sized(16)), flagged(63, sized(1))} {
-		for _, w := range ways()[:2] {
+		for _, w := range checks.Ways()[:2] {
 			b := laid(t, w, s)
 			for lower := range byte(16) {
 				for upper := range byte(4) {
@@ -177,7 +177,7 @@ func TestBitsThatTellNothing(t *testing.T) {
 
 // P13.2: each of the errors, by itself: too few bytes, and what the byte at 12 tells.
 func TestHeaderErrors(t *testing.T) {
-	for _, w := range ways() {
+	for _, w := range checks.Ways() {
 		refuse(t, "nil", w, nil, api.ErrEnd)
 		refuse(t, "no bytes, with room", w, make([]byte, 0, 100), api.ErrEnd)
 		good := laid(t, w, sized(40))
@@ -207,7 +207,7 @@ func TestHeaderErrors(t *testing.T) {
 
 // P13.2: of all check sums only one is good; a check sum of 0, and one of FFFF, are told apart by nothing.
 func TestSums(t *testing.T) {
-	for _, w := range ways()[:2] {
+	for _, w := range checks.Ways()[:2] {
 		good := laid(t, w, sized(3))
 		for n := range 1 << 16 {
 			b := slices.Clone(good)
@@ -241,7 +241,7 @@ func TestEachBit(t *testing.T) {
 		if len(s.Data) > 300 {
 			continue
 		}
-		w := ways()[len(s.Data)%2]
+		w := checks.Ways()[len(s.Data)%2]
 		b := laid(t, w, s)
 		for bit := range 8 * len(b) {
 			b[bit/8] ^= 0x80 >> (bit % 8)
@@ -257,31 +257,31 @@ func TestEachBit(t *testing.T) {
 
 // P13.2: between other addresses nothing is parsed, but where their sum is the same: so it is, if both are changed about.
 func TestOtherAddresses(t *testing.T) {
-	for _, w := range ways()[:2] {
+	for _, w := range checks.Ways()[:2] {
 		s := choosing(checks.Full(), sized(11))
 		b := laid(t, w, s)
-		size := len(addr.Bytes(w.src))
+		size := len(addr.Bytes(w.Src))
 		for bit := range 8 * size {
-			refuse(t, "another src", way{api.Addr{Six: w.src.Six, B: checks.Flipped(w.src.B, bit)}, w.dst}, b, api.ErrSum)
-			refuse(t, "another dst", way{w.src, api.Addr{Six: w.dst.Six, B: checks.Flipped(w.dst.B, bit)}}, b, api.ErrSum)
+			refuse(t, "another src", checks.FromTo(api.Addr{Six: w.Src.Six, B: checks.Flipped(w.Src.B, bit)}, w.Dst), b, api.ErrSum)
+			refuse(t, "another dst", checks.FromTo(w.Src, api.Addr{Six: w.Dst.Six, B: checks.Flipped(w.Dst.B, bit)}), b, api.ErrSum)
 		}
-		if got := parsed(t, way{w.dst, w.src}, b); !alike(got, s) {
+		if got := parsed(t, checks.FromTo(w.Dst, w.Src), b); !alike(got, s) {
 			t.Error(brief(got))
 		}
-		for _, other := range ways() {
+		for _, other := range checks.Ways() {
 			want := api.ErrSum
-			if other == w || sum(other, b) == 0xFFFF {
+			if other == w || other.Sum(6, b) == 0xFFFF {
 				want = api.OK
 			}
-			if got, e := Parse(other.src, other.dst, b); e != want || e != api.OK && !alike(got, api.Seg{}) {
+			if got, e := Parse(other.Src, other.Dst, b); e != want || e != api.OK && !alike(got, api.Seg{}) {
 				t.Errorf("%v: %s, %v, not %v", other, brief(got), e, want)
 			}
 		}
 	}
 	// What stands behind the four bytes of an address does not count.
-	odd := four()
-	odd.src.B[4], odd.dst.B[15] = 1, 255
-	if b := laid(t, four(), sized(9)); !bytes.Equal(laid(t, odd, sized(9)), b) || !alike(parsed(t, odd, b), sized(9)) {
+	odd := checks.FourWay()
+	odd.Src.B[4], odd.Dst.B[15] = 1, 255
+	if b := laid(t, checks.FourWay(), sized(9)); !bytes.Equal(laid(t, odd, sized(9)), b) || !alike(parsed(t, odd, b), sized(9)) {
 		t.Error("what stands behind an address of four counts")
 	}
 }
@@ -299,7 +299,7 @@ func TestOptionErrors(t *testing.T) {
 		{"00020402", api.OK}, {"fe04fe04 fe04fe04", api.OK},
 	} {
 		for _, n := range []int{0, 1, 40, 16384, 16385, 40000} {
-			for _, w := range ways()[:2] {
+			for _, w := range checks.Ways()[:2] {
 				b := raw(w, checks.Unhex(c.options), checks.Rising(n))
 				if got := checked(t, w, b); got != c.want && !(c.want == api.OK && n > 16384 && got == api.ErrForm) {
 					t.Errorf("%s, %d bytes: %v, not %v", c.options, n, got, c.want)
@@ -312,7 +312,7 @@ func TestOptionErrors(t *testing.T) {
 
 // P13.2: no more than 16384 bytes of data, though the check sum is good, also of more bytes than the pseudo header of addresses of four tells of.
 func TestTooMuchData(t *testing.T) {
-	for _, w := range ways() {
+	for _, w := range checks.Ways() {
 		for _, o := range []string{"", "020405b4", "0402 0000 04020402"} {
 			for _, n := range []int{16385, 16386, 16388, 32768, 65515, 65516, 65535, 65536, 65537, 1<<16 + 100, 1 << 18} {
 				b := raw(w, checks.Unhex(o), make([]byte, n))
@@ -329,7 +329,7 @@ func TestTooMuchData(t *testing.T) {
 
 // P13.2: where more than one error holds, the first that the chapter lists is told.
 func TestFirstError(t *testing.T) {
-	w := four()
+	w := checks.FourWay()
 	twice, wrong := []byte{4, 2, 4, 2}, []byte{4, 3, 0, 0}
 	for _, c := range []struct {
 		what string
@@ -358,7 +358,7 @@ func TestFirstError(t *testing.T) {
 }
 
 // someBytes are bytes by chance, most of them with a check sum that fits, and options of some kinds.
-func someBytes(chance *rand.Rand, w way) []byte {
+func someBytes(chance *rand.Rand, w checks.Way) []byte {
 	b := checks.Bytes(chance.Intn, chance.Intn(90))
 	if len(b) < 20 || chance.Intn(16) == 0 {
 		return b
@@ -387,7 +387,7 @@ func TestBytesByChance(t *testing.T) {
 	chance := rand.New(rand.NewSource(138))
 	many := map[api.Errno]int{}
 	for i := range 200000 {
-		w := ways()[i%5]
+		w := checks.Ways()[i%5]
 		many[checked(t, w, someBytes(chance, w))]++
 	}
 	for _, e := range []api.Errno{api.OK, api.ErrForm, api.ErrEnd, api.ErrThere, api.ErrSum} {

@@ -12,7 +12,7 @@ import (
 
 // question is what all calls are asked about.
 type question struct {
-	w           way
+	w           checks.Way
 	s, other    api.Seg
 	b           []byte
 	begin, size uint32
@@ -21,15 +21,15 @@ type question struct {
 
 // asked is a question by chance, of segments that may be, and such that may not.
 func asked(chance *rand.Rand, list []api.Seg) question {
-	w := ways()[chance.Intn(len(ways()))]
+	w := checks.Ways()[chance.Intn(len(checks.Ways()))]
 	s := list[chance.Intn(len(list))]
 	return question{w, s, list[chance.Intn(len(list))], someBytes(chance, w), s.Seq + uint32(chance.Intn(40)-20), uint32(chance.Intn(100)), uint8(chance.Intn(256))}
 }
 
 // answers are all that the calls tell of it.
 func (q question) answers() [13]any {
-	laid, e := Lay(q.w.src, q.w.dst, q.s)
-	parsed, f := Parse(q.w.src, q.w.dst, q.b)
+	laid, e := Lay(q.w.Src, q.w.Dst, q.s)
+	parsed, f := Parse(q.w.Src, q.w.Dst, q.b)
 	reset, ok := Reset(q.s)
 	trim := Trim(q.s, q.begin, q.size)
 	return [13]any{May(q.s), string(laid), e, brief(parsed), string(parsed.Data), f, Same(q.s, q.other), Len(q.s), Has(q.s, q.flags), brief(reset), ok, brief(trim), string(trim.Data)}
@@ -45,18 +45,10 @@ func fewer(chance *rand.Rand, n int) []api.Seg {
 func TestAnyOrder(t *testing.T) {
 	chance := rand.New(rand.NewSource(142))
 	list := fewer(chance, 1000)
-	var questions []question
-	var told [][13]any
-	for range 5000 {
-		q := asked(chance, list)
-		questions = append(questions, q)
-		told = append(told, q.answers())
-	}
-	for i, q := range slices.Backward(questions) {
-		if again := q.answers(); again != told[i] {
-			t.Fatalf("%s, %x: first %v, then %v", brief(q.s), q.b, told[i], again)
-		}
-	}
+	ask := func() question { return asked(chance, list) }
+	checks.Again(5000, ask, question.answers, func(q question, first, then [13]any) {
+		t.Fatalf("%s, %x: first %v, then %v", brief(q.s), q.b, first, then)
+	})
 }
 
 // roomy is a segment whose lists have something behind their ends, and these lists with it.
@@ -82,8 +74,8 @@ func TestListsStay(t *testing.T) {
 		text = slices.Concat(q.b, checks.Bytes(chance.Intn, 20))
 		q.b = text[:len(q.b)]
 		wasData, wasText, wasSacks := slices.Clone(data), slices.Clone(text), slices.Clone(sacks)
-		laid, _ := Lay(q.w.src, q.w.dst, q.s)
-		parsed, _ := Parse(q.w.src, q.w.dst, q.b)
+		laid, _ := Lay(q.w.Src, q.w.Dst, q.s)
+		parsed, _ := Parse(q.w.Src, q.w.Dst, q.b)
 		trim := Trim(q.s, q.begin, q.size)
 		if q.answers() != want.answers() || !Same(q.s, want.s) || !Same(want.s, q.s) {
 			t.Fatalf("%s: what is behind the lists counts", brief(want.s))
@@ -94,7 +86,7 @@ func TestListsStay(t *testing.T) {
 		clear(data)
 		clear(text)
 		clear(sacks)
-		again, _ := Lay(want.w.src, want.w.dst, want.s)
+		again, _ := Lay(want.w.Src, want.w.Dst, want.s)
 		same, _ := wanted(want.w, want.b)
 		if !bytes.Equal(laid, again) || !alike(parsed, same) || !alike(trim, trimByWords(want.s, want.begin, want.size)) {
 			t.Fatalf("%s: the lists are kept", brief(want.s))
@@ -113,14 +105,14 @@ func TestAnswersAreTheCallers(t *testing.T) {
 			continue
 		}
 		was := copied(s)
-		text := spelt(t, six(), s)
-		one, two := laid(t, six(), s), laid(t, six(), s)
+		text := spelt(t, checks.SixWay(), s)
+		one, two := laid(t, checks.SixWay(), s), laid(t, checks.SixWay(), s)
 		checks.Spoil(one)
-		if !alike(s, was) || !bytes.Equal(two, text) || !bytes.Equal(laid(t, six(), s), text) {
+		if !alike(s, was) || !bytes.Equal(two, text) || !bytes.Equal(laid(t, checks.SixWay(), s), text) {
 			t.Fatalf("%s: what is laid is not the caller's", brief(was))
 		}
 		room := append(slices.Clone(text), 1, 2, 3)
-		first, second := parsed(t, six(), room[:len(text)]), parsed(t, six(), room[:len(text)])
+		first, second := parsed(t, checks.SixWay(), room[:len(text)]), parsed(t, checks.SixWay(), room[:len(text)])
 		spoil(first)
 		if !alike(second, was) || !bytes.Equal(room, append(slices.Clone(text), 1, 2, 3)) {
 			t.Fatalf("%s: what is parsed is not the caller's", brief(was))
@@ -142,7 +134,7 @@ func TestAnswersAreTheCallers(t *testing.T) {
 
 // R1, R7: beside an error there is nothing: of a segment that was read up to it, nothing is told.
 func TestNothingBesideErrors(t *testing.T) {
-	w := six()
+	w := checks.SixWay()
 	for _, s := range []api.Seg{sized(0), sized(16384), choosing(options()[12], sized(30)), flagged(63, choosing(checks.Full(), sized(1)))} {
 		good := laid(t, w, s)
 		size := int(good[12] >> 4 * 4)

@@ -17,21 +17,6 @@ import (
 	"downhaul/opts"
 )
 
-// way are the two addresses between which a segment goes.
-type way struct{ src, dst api.Addr }
-
-// four and six are ways between addresses of four bytes, and of sixteen.
-func four() way { return way{addr.Four(192, 168, 1, 2), addr.Four(10, 11, 12, 13)} }
-func six() way {
-	return way{addr.Six(0x2001, 0xDB8, 0, 0, 1, 0, 0, 1), addr.Six(0xFE80, 0, 0, 0, 0x1234, 0x5678, 0x9ABC, 0xDEF0)}
-}
-
-// ways are those that layer 3 tells apart, also such that no packet has.
-func ways() []way {
-	odd := api.Addr{B: checks.Filled(0xA5)}
-	return []way{four(), six(), {}, {four().src, six().dst}, {six().src, four().dst}, {odd, four().dst}, {odd, six().dst}, {addr.Four(255, 255, 255, 255), addr.Four(255, 255, 255, 255)}}
-}
-
 // ordinary is a segment that may be, with that data.
 func ordinary(data ...byte) api.Seg {
 	return api.Seg{Src: 43210, Dst: 22, Seq: 0x01020304, Ack: 0xA0B0C0D0, Flags: api.Psh | api.Ack, Window: 501, Data: data}
@@ -151,24 +136,14 @@ func wrongs() []api.Seg {
 func may(s api.Seg) bool { return opts.May(s.Opts) && s.Flags < 64 && len(s.Data) < 16385 }
 
 // summed are bytes with the check sum that fits at its place.
-func summed(w way, b []byte) []byte {
+func summed(w checks.Way, b []byte) []byte {
 	copy(b[16:], []byte{0, 0})
-	binary.BigEndian.PutUint16(b[16:], ^sum(w, b))
+	binary.BigEndian.PutUint16(b[16:], ^w.Sum(6, b))
 	return b
 }
 
-// sum is the sum of a pseudo header, whose numbers stand in another order here, and of bytes.
-func sum(w way, b []byte) uint16 {
-	n, size := 4, uint32(uint16(len(b)))
-	if w.src.Six || w.dst.Six {
-		n, size = 16, uint32(len(b))
-	}
-	ahead := slices.Concat([]byte{0, 6}, w.dst.B[:n], w.src.B[:n])
-	return checks.Sum(slices.Concat(binary.BigEndian.AppendUint32(ahead, size), b))
-}
-
 // spelt are the bytes of a segment by the chapter's words.
-func spelt(t *testing.T, w way, s api.Seg) []byte {
+func spelt(t *testing.T, w checks.Way, s api.Seg) []byte {
 	t.Helper()
 	o, e := opts.Lay(s.Opts)
 	if e != api.OK {
@@ -182,9 +157,9 @@ func spelt(t *testing.T, w way, s api.Seg) []byte {
 }
 
 // laid are the bytes of a segment that must have some.
-func laid(t *testing.T, w way, s api.Seg) []byte {
+func laid(t *testing.T, w checks.Way, s api.Seg) []byte {
 	t.Helper()
-	b, e := Lay(w.src, w.dst, s)
+	b, e := Lay(w.Src, w.Dst, s)
 	if e != api.OK {
 		t.Fatalf("Lay(%s): %v", brief(s), e)
 	}
@@ -238,24 +213,24 @@ func tried(chance *rand.Rand, n int) []api.Seg {
 
 // examples are segments, and their bytes, reckoned by another program.
 func examples() []struct {
-	w    way
+	w    checks.Way
 	s    api.Seg
 	want string
 } {
-	short := way{addr.Four(10, 0, 0, 1), addr.Four(10, 0, 0, 2)}
+	short := checks.FromTo(addr.Four(10, 0, 0, 1), addr.Four(10, 0, 0, 2))
 	syn := api.Seg{Src: 1024, Dst: 80, Seq: 5, Flags: api.Syn, Window: 65535}
 	return []struct {
-		w    way
+		w    checks.Way
 		s    api.Seg
 		want string
 	}{
-		{way{}, api.Seg{}, "00000000 00000000 00000000 50000000 afe50000"},
+		{checks.Way{}, api.Seg{}, "00000000 00000000 00000000 50000000 afe50000"},
 		{short, syn, "04000050 00000005 00000000 5002ffff 978b0000"},
 		{short, choosing(api.Opts{HasMSS: true, MSS: 1460}, syn), "04000050 00000005 00000000 6002ffff 7fcf0000 020405b4"},
 		{short, api.Seg{Src: 65535, Dst: 65535, Seq: math.MaxUint32, Ack: math.MaxUint32, Flags: 63, Window: 65535, Urgent: 65535, Data: []byte{255}}, "ffffffff ffffffff ffffffff 503fffff 9ca1ffff ff"},
-		{way{addr.Four(192, 168, 1, 2), addr.Four(192, 168, 1, 3)}, ordinary([]byte("hello")...), "a8ca0016 01020304 a0b0c0d0 501801f5 d8420000 68656c6c6f"},
+		{checks.FromTo(addr.Four(192, 168, 1, 2), addr.Four(192, 168, 1, 3)), ordinary([]byte("hello")...), "a8ca0016 01020304 a0b0c0d0 501801f5 d8420000 68656c6c6f"},
 		{
-			way{addr.Six(0x2001, 0xDB8, 0, 0, 0, 0, 0, 1), addr.Six(0xFE80, 0, 0, 0, 0, 0, 0, 2)},
+			checks.FromTo(addr.Six(0x2001, 0xDB8, 0, 0, 0, 0, 0, 1), addr.Six(0xFE80, 0, 0, 0, 0, 0, 0, 2)),
 			api.Seg{Src: 49152, Dst: 443, Seq: 1<<31 - 1, Ack: 1 << 31, Flags: api.Fin | api.Ack, Window: 1, Urgent: 7, Opts: api.Opts{HasTime: true, Val: 0x01020304, Echo: 0xFFEEDDCC}, Data: []byte("data")},
 			"c00001bb 7fffffff 80000000 80110001 cf340007 080a01020304ffeeddcc0000 64617461",
 		},
@@ -276,7 +251,7 @@ func TestKnownBytes(t *testing.T) {
 func TestLay(t *testing.T) {
 	chance := rand.New(rand.NewSource(131))
 	for _, s := range tried(chance, 3000) {
-		list := ways()
+		list := checks.Ways()
 		if len(s.Data) > 1000 {
 			list = list[:2]
 		}
@@ -291,14 +266,14 @@ func TestLay(t *testing.T) {
 // P13.1: the check sum is that of layer 3, of protocol 6, with 0 in its place; all the bytes are good.
 func TestCheckSum(t *testing.T) {
 	for _, s := range tried(rand.New(rand.NewSource(132)), 500) {
-		for _, w := range ways()[:5] {
+		for _, w := range checks.Ways()[:5] {
 			b := laid(t, w, s)
 			told := binary.BigEndian.Uint16(b[16:])
-			if !chksum.Good(w.src, w.dst, 6, b) {
+			if !chksum.Good(w.Src, w.Dst, 6, b) {
 				t.Fatalf("%s: the check sum is not good", brief(s))
 			}
 			b[16], b[17] = 0, 0
-			if want := chksum.Load(w.src, w.dst, 6, b); told != want {
+			if want := chksum.Load(w.Src, w.Dst, 6, b); told != want {
 				t.Fatalf("%s: the check sum is %x, not %x", brief(s), told, want)
 			}
 		}
@@ -316,8 +291,8 @@ func TestMay(t *testing.T) {
 		if May(s) || may(s) {
 			t.Errorf("%s may be", brief(s))
 		}
-		for _, w := range ways() {
-			if b, e := Lay(w.src, w.dst, s); b != nil || e != api.ErrArg {
+		for _, w := range checks.Ways() {
+			if b, e := Lay(w.Src, w.Dst, s); b != nil || e != api.ErrArg {
 				t.Errorf("Lay(%s) = %x, %v", brief(s), b[:min(len(b), 60)], e)
 			}
 		}
@@ -402,7 +377,7 @@ func TestNoLists(t *testing.T) {
 			for _, b := range []api.Seg{s, empty, room} {
 				one, ok := Reset(a)
 				two, fine := Reset(b)
-				if !Same(a, b) || Len(a) != Len(b) || May(a) != May(b) || !bytes.Equal(laid(t, six(), a), laid(t, six(), b)) || !alike(one, two) || ok != fine {
+				if !Same(a, b) || Len(a) != Len(b) || May(a) != May(b) || !bytes.Equal(laid(t, checks.SixWay(), a), laid(t, checks.SixWay(), b)) || !alike(one, two) || ok != fine {
 					t.Errorf("%s: no lists are not the same as empty ones", brief(s))
 				}
 				for begin := s.Seq - 3; begin != s.Seq+3; begin++ {
