@@ -27,6 +27,7 @@ func TestWays(t *testing.T) {
 		{"opts", "closure array-compared"},
 		{"seg", "closure three-index"},
 		{"icmp", "iota"},
+		{"frag", "map delete range-function"},
 	} {
 		has := waysOf(t, c.layer)
 		for _, w := range strings.Fields(c.words) {
@@ -163,6 +164,12 @@ func wayOf(n ast.Node) string {
 		if x.Name == "iota" {
 			return "iota"
 		}
+	case *ast.MapType:
+		return "map"
+	case *ast.RangeStmt:
+		if isChunks(x.X) {
+			return "range-function"
+		}
 	case *ast.TypeAssertExpr:
 		if x.Type != nil {
 			return "assertion"
@@ -188,10 +195,20 @@ func wayOf(n ast.Node) string {
 		}
 	case *ast.CallExpr:
 		if f, ok := x.Fun.(*ast.Ident); ok {
-			return f.Name // of those that the language has: panic, recover, copy
+			return f.Name // of those that the language has: panic, recover, copy, delete
 		}
 	}
 	return ""
+}
+
+// isChunks tells of an expression whether it is the library's function over the chunks of a list.
+func isChunks(e ast.Expr) bool {
+	call, ok := e.(*ast.CallExpr)
+	if !ok {
+		return false
+	}
+	of, ok := call.Fun.(*ast.SelectorExpr)
+	return ok && lastName(of.X) == "slices" && of.Sel.Name == "Chunk"
 }
 
 // isArray tells of a type whether it is an array, and no slice.
