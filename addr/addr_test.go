@@ -3,7 +3,6 @@ package addr
 import (
 	"bytes"
 	"cmp"
-	"math"
 	"math/rand"
 	"net/netip"
 	"slices"
@@ -15,48 +14,13 @@ import (
 	"downhaul/checks"
 )
 
-// made is an address of its bytes, four or sixteen.
-func made(b ...byte) api.Addr {
-	a := api.Addr{Six: len(b) == 16}
-	copy(a.B[:], b)
-	return a
-}
-
-// byChance is an address by chance, that may be: of either kind, and often with bytes 0 or FF in a run.
-func byChance(chance *rand.Rand) api.Addr {
-	b := checks.Bytes(chance.Intn, []int{4, 16}[chance.Intn(2)])
-	for range chance.Intn(3) {
-		from := chance.Intn(len(b))
-		for i := range b[from : from+chance.Intn(len(b)-from)+1] {
-			b[from+i] = []byte{0, 0, 0, 0xFF}[chance.Intn(4)]
-		}
-	}
-	return made(b...)
-}
-
-// unlikely are addresses of four, each of which has bytes behind its fourth, so that it may not be.
-func unlikely(b ...byte) []api.Addr {
-	var out []api.Addr
-	for at := 4; at < 16; at++ {
-		for _, c := range []byte{1, 0x80, 0xFF} {
-			a := made(b...)
-			a.B[at] = c
-			out = append(out, a)
-		}
-	}
-	all := made(b...)
-	all.B = checks.Filled(0xFF)
-	copy(all.B[:], b)
-	return append(out, all)
-}
-
 // edges are addresses of both kinds: of 0s, of the greatest bytes, with one bit set or clear, and some between.
 func edges() []api.Addr {
 	var out []api.Addr
 	for _, b := range checks.Edges() {
-		out = append(out, made(b[:4]...), made(b[:]...))
+		out = append(out, checks.Address(b[:4]...), checks.Address(b[:]...))
 	}
-	return append(out, made(10, 11, 12, 13), made(192, 0, 2, 1), made(checks.Rising(16)...))
+	return append(out, checks.Address(10, 11, 12, 13), checks.Address(192, 0, 2, 1), checks.Address(checks.Rising(16)...))
 }
 
 // groupsBy are eight groups, of which those are 0 whose bits are set; the others are great.
@@ -106,7 +70,7 @@ func wanted(s string) (api.Addr, api.Errno) {
 	if err != nil || strings.Contains(s, "%") || strings.Contains(s, ":") && strings.Contains(s, ".") {
 		return api.Addr{}, api.ErrForm
 	}
-	return made(other.AsSlice()...), api.OK
+	return checks.Address(other.AsSlice()...), api.OK
 }
 
 // read is the address of a text that must be one.
@@ -129,20 +93,6 @@ func masked(t *testing.T, a api.Addr, length int) api.Addr {
 	return got
 }
 
-// longest is the greatest length of a prefix of an address's kind.
-func longest(a api.Addr) int {
-	if a.Six {
-		return 128
-	}
-	return 32
-}
-
-// wrongLengths are lengths that no prefix of an address's kind has.
-func wrongLengths(a api.Addr) []int {
-	n := longest(a)
-	return []int{-1, -2, -8, -n, -256, -1 << 32, math.MinInt, math.MinInt + 1, n + 1, n + 8, 129, 136, 256, 256 + n, 1 << 16, 1<<32 + 8, 1<<32 + n, math.MaxInt - 1, math.MaxInt}
-}
-
 // P9.2: the chapter's example.
 func TestExample(t *testing.T) {
 	if got := Text(Six(0x2001, 0x0db8, 0, 0, 1, 0, 0, 1)); got != "2001:db8::1:0:0:1" {
@@ -161,7 +111,7 @@ func TestFour(t *testing.T) {
 	chance := rand.New(rand.NewSource(91))
 	for range 1000 {
 		b := checks.Bytes(chance.Intn, 4)
-		if got := Four(b[0], b[1], b[2], b[3]); got != made(b...) {
+		if got := Four(b[0], b[1], b[2], b[3]); got != checks.Address(b...) {
 			t.Fatalf("Four(%v) = %v", b, got)
 		}
 	}
@@ -171,7 +121,7 @@ func TestFour(t *testing.T) {
 			copy(ones[:], []byte{255, 255, 255, 255})
 			zeros[at], ones[at] = byte(c), byte(c)
 			for _, b := range [][4]byte{zeros, ones} {
-				if got := Four(b[0], b[1], b[2], b[3]); got != made(b[:]...) {
+				if got := Four(b[0], b[1], b[2], b[3]); got != checks.Address(b[:]...) {
 					t.Errorf("Four(%v) = %v", b, got)
 				}
 			}
@@ -196,12 +146,12 @@ func TestSix(t *testing.T) {
 				groups[i] = uint16(chance.Uint32())
 			}
 			all := append(bytesOf(groups), make([]byte, 16)...)
-			if got := Six(groups...); got != made(all[:16]...) {
+			if got := Six(groups...); got != checks.Address(all[:16]...) {
 				t.Fatalf("Six(%x) = %v", groups, got)
 			}
 		}
 	}
-	if got := Six(slices.Repeat([]uint16{0xFFFF}, 1<<20)...); got != made(bytes.Repeat([]byte{255}, 16)...) {
+	if got := Six(slices.Repeat([]uint16{0xFFFF}, 1<<20)...); got != checks.Address(bytes.Repeat([]byte{255}, 16)...) {
 		t.Error(got)
 	}
 }
@@ -214,7 +164,7 @@ func TestMay(t *testing.T) {
 		}
 	}
 	for _, b := range [][]byte{{0, 0, 0, 0}, {10, 11, 12, 13}, {255, 255, 255, 255}} {
-		for _, a := range unlikely(b...) {
+		for _, a := range checks.Unlikely(b...) {
 			if May(a) {
 				t.Errorf("%v may be", a)
 			}
@@ -225,7 +175,7 @@ func TestMay(t *testing.T) {
 		}
 		for at := 4; at < 16; at++ {
 			for c := range 256 {
-				a := made(b...)
+				a := checks.Address(b...)
 				a.B[at] = byte(c)
 				if May(a) != (c == 0) {
 					t.Errorf("that %v may be is %v", a, May(a))
@@ -253,7 +203,7 @@ func TestBytes(t *testing.T) {
 			t.Errorf("Of(%x) = %v, %v, not %v", got, back, e, a)
 		}
 	}
-	for _, a := range unlikely(10, 11, 12, 13) {
+	for _, a := range checks.Unlikely(10, 11, 12, 13) {
 		if got := Bytes(a); !bytes.Equal(got, []byte{10, 11, 12, 13}) {
 			t.Errorf("Bytes(%v) = %x", a, got)
 		}
@@ -263,7 +213,7 @@ func TestBytes(t *testing.T) {
 		for _, n := range []int{4, 16} {
 			b := checks.Bytes(chance.Intn, n)
 			a, e := Of(b)
-			if a != made(b...) || e != api.OK || !bytes.Equal(Bytes(a), b) {
+			if a != checks.Address(b...) || e != api.OK || !bytes.Equal(Bytes(a), b) {
 				t.Fatalf("Of(%x) = %v, %v, whose bytes are %x", b, a, e, Bytes(a))
 			}
 		}
@@ -291,13 +241,13 @@ func TestKnownTexts(t *testing.T) {
 		a    api.Addr
 		want string
 	}{
-		{made(0, 0, 0, 0), "0.0.0.0"},
-		{made(1, 20, 200, 0), "1.20.200.0"},
-		{made(9, 10, 99, 100), "9.10.99.100"},
-		{made(127, 0, 0, 1), "127.0.0.1"},
-		{made(192, 0, 2, 235), "192.0.2.235"},
-		{made(224, 0, 0, 1), "224.0.0.1"},
-		{made(255, 255, 255, 255), "255.255.255.255"},
+		{checks.Address(0, 0, 0, 0), "0.0.0.0"},
+		{checks.Address(1, 20, 200, 0), "1.20.200.0"},
+		{checks.Address(9, 10, 99, 100), "9.10.99.100"},
+		{checks.Address(127, 0, 0, 1), "127.0.0.1"},
+		{checks.Address(192, 0, 2, 235), "192.0.2.235"},
+		{checks.Address(224, 0, 0, 1), "224.0.0.1"},
+		{checks.Address(255, 255, 255, 255), "255.255.255.255"},
 		// No run of groups 0, and groups of one to four digits.
 		{Six(0xFFFF, 0xFFFF, 0xFFFF, 0xFFFF, 0xFFFF, 0xFFFF, 0xFFFF, 0xFFFF), "ffff:ffff:ffff:ffff:ffff:ffff:ffff:ffff"},
 		{Six(1, 0x23, 0x456, 0x789A, 0xB, 0xCD, 0xEF0, 0x1234), "1:23:456:789a:b:cd:ef0:1234"},
@@ -401,15 +351,15 @@ func TestEachNumber(t *testing.T) {
 			b, texts := []byte{1, 22, 133, 255}, []string{"1", "22", "133", "255"}
 			b[at], texts[at] = byte(c), strconv.Itoa(c)
 			want := strings.Join(texts, ".")
-			if got := Text(made(b...)); got != want {
+			if got := Text(checks.Address(b...)); got != want {
 				t.Errorf("Text(%v) = %q", b, got)
 			}
-			if got := read(t, want); got != made(b...) {
+			if got := read(t, want); got != checks.Address(b...) {
 				t.Errorf("Parse(%q) = %v", want, got)
 			}
 		}
 	}
-	for _, a := range unlikely(10, 20, 130, 4) {
+	for _, a := range checks.Unlikely(10, 20, 130, 4) {
 		if got := Text(a); got != "10.20.130.4" {
 			t.Errorf("Text(%v) = %q", a, got)
 		}
@@ -573,7 +523,7 @@ func TestTurnedTexts(t *testing.T) {
 	const letters = "00112459afAFgG.:::.-+% /x"
 	taken := 0
 	for range 200000 {
-		s := []byte(Text(byChance(chance)))
+		s := []byte(Text(checks.AnyAddress(chance.Intn)))
 		for range chance.Intn(4) {
 			at := chance.Intn(len(s) + 1)
 			switch chance.Intn(3) {
@@ -602,7 +552,7 @@ func TestTextsOfAll(t *testing.T) {
 	chance := rand.New(rand.NewSource(96))
 	all := edges()
 	for range 20000 {
-		all = append(all, byChance(chance))
+		all = append(all, checks.AnyAddress(chance.Intn))
 	}
 	for _, a := range all {
 		s := Text(a)
@@ -623,19 +573,6 @@ func TestTextsOfAll(t *testing.T) {
 			t.Fatalf("Parse(%q) = %v, written %q, not %q", strings.Join(long, ":"), got, Text(got), s)
 		}
 	}
-}
-
-// lies tells by the chapter's words whether one lies in a prefix: bit by bit.
-func lies(a, prefix api.Addr, length int) bool {
-	if length < 0 || length > longest(a) || a.Six != prefix.Six {
-		return false
-	}
-	for bit := range length {
-		if (a.B[bit/8]^prefix.B[bit/8])>>(7-bit%8)&1 != 0 {
-			return false
-		}
-	}
-	return true
 }
 
 // P9.3: known prefixes.
@@ -674,13 +611,10 @@ func TestKnownPrefixes(t *testing.T) {
 
 // P9.3: masks of each length keep that many bits, and no more, of all sixteen bytes.
 func TestMask(t *testing.T) {
-	all := slices.Concat(edges(), unlikely(255, 255, 255, 255), unlikely(0, 0, 0, 0))
+	all := slices.Concat(edges(), checks.Unlikely(255, 255, 255, 255), checks.Unlikely(0, 0, 0, 0))
 	for _, a := range all {
-		for length := range longest(a) + 1 {
-			want := a
-			for bit := length; bit < 128; bit++ {
-				want.B[bit/8] &^= 0x80 >> (bit % 8)
-			}
+		for length := range checks.Longest(a) + 1 {
+			want := checks.Masked(a, length)
 			if got := masked(t, a, length); got != want {
 				t.Fatalf("Mask(%v, %d) = %v, not %v", a, length, got, want)
 			}
@@ -694,11 +628,10 @@ func TestMask(t *testing.T) {
 // P9.3: with one bit turned an address lies in all prefixes of it that are no longer than up to that bit.
 func TestEachBit(t *testing.T) {
 	for _, b := range checks.Edges() {
-		for _, a := range []api.Addr{made(b[:4]...), made(b[:]...)} {
-			for bit := range longest(a) {
-				turned := a
-				turned.B = checks.Flipped(a.B, bit)
-				for length := range longest(a) + 1 {
+		for _, a := range []api.Addr{checks.Address(b[:4]...), checks.Address(b[:]...)} {
+			for bit := range checks.Longest(a) {
+				turned := checks.Turned(a, bit)
+				for length := range checks.Longest(a) + 1 {
 					if Lies(turned, a, length) != (length <= bit) || Lies(a, turned, length) != (length <= bit) {
 						t.Fatalf("%v, and with the bit %d turned: %d", a, bit, length)
 					}
@@ -710,8 +643,8 @@ func TestEachBit(t *testing.T) {
 
 // P9.3: bytes behind the fourth do not count in whether an address of four lies in a prefix.
 func TestBehindTheFourth(t *testing.T) {
-	a := made(10, 11, 12, 13)
-	for _, other := range unlikely(10, 11, 12, 13) {
+	a := checks.Address(10, 11, 12, 13)
+	for _, other := range checks.Unlikely(10, 11, 12, 13) {
 		for length := range 33 {
 			if !Lies(a, other, length) || !Lies(other, a, length) || masked(t, other, length) != masked(t, a, length) {
 				t.Errorf("%v, %v, %d", a, other, length)
@@ -722,9 +655,9 @@ func TestBehindTheFourth(t *testing.T) {
 
 // P9.3: lengths that no prefix has, and prefixes of the other kind.
 func TestWrongLengths(t *testing.T) {
-	all := slices.Concat(edges(), unlikely(10, 11, 12, 13))
+	all := slices.Concat(edges(), checks.Unlikely(10, 11, 12, 13))
 	for _, a := range all {
-		for _, length := range wrongLengths(a) {
+		for _, length := range checks.WrongLengths(a) {
 			if got, e := Mask(a, length); got != (api.Addr{}) || e != api.ErrArg {
 				t.Errorf("Mask(%v, %d) = %v, %v", a, length, got, e)
 			}
@@ -732,14 +665,13 @@ func TestWrongLengths(t *testing.T) {
 				t.Errorf("Lies(%v, %v, %d)", a, a, length)
 			}
 		}
-		other := a
-		other.Six = !a.Six
+		other := checks.OtherKind(a)
 		for length := -1; length <= 130; length++ {
 			if Lies(a, other, length) || Lies(a, api.Addr{Six: !a.Six}, length) || Lies(api.Addr{Six: !a.Six}, a, length) {
 				t.Errorf("%v and one of the other kind: %d", a, length)
 			}
 		}
-		for _, length := range wrongLengths(a) {
+		for _, length := range checks.WrongLengths(a) {
 			if Lies(a, other, length) || Lies(other, a, length) {
 				t.Errorf("%v and one of the other kind: %d", a, length)
 			}
@@ -751,15 +683,15 @@ func TestWrongLengths(t *testing.T) {
 func TestPrefixes(t *testing.T) {
 	chance := rand.New(rand.NewSource(97))
 	for range 20000 {
-		a, prefix := byChance(chance), byChance(chance)
-		if alike := chance.Intn(longest(a)); a.Six == prefix.Six {
+		a, prefix := checks.AnyAddress(chance.Intn), checks.AnyAddress(chance.Intn)
+		if alike := chance.Intn(checks.Longest(a)); a.Six == prefix.Six {
 			for bit := range alike {
 				if (a.B[bit/8]^prefix.B[bit/8])>>(7-bit%8)&1 != 0 {
-					prefix.B = checks.Flipped(prefix.B, bit)
+					prefix = checks.Turned(prefix, bit)
 				}
 			}
 		}
-		length := chance.Intn(longest(a) + 1)
+		length := chance.Intn(checks.Longest(a) + 1)
 		got := masked(t, a, length)
 		if !Lies(a, got, length) || !Lies(got, got, length) || !Lies(got, a, length) {
 			t.Fatalf("%v, masked to %d as %v, does not lie in it", a, length, got)
@@ -767,9 +699,9 @@ func TestPrefixes(t *testing.T) {
 		if masked(t, got, length) != got || !May(got) {
 			t.Fatalf("%v, masked to %d as %v, is not masked to itself", a, length, got)
 		}
-		for n := -2; n <= longest(a)+2; n++ {
+		for n := -2; n <= checks.Longest(a)+2; n++ {
 			in := Lies(a, prefix, n)
-			if in != lies(a, prefix, n) {
+			if in != checks.Lies(a, prefix, n) {
 				t.Fatalf("Lies(%v, %v, %d) = %v", a, prefix, n, in)
 			}
 			if in && n > 0 && !Lies(a, prefix, n-1) {
@@ -785,8 +717,8 @@ func TestPrefixes(t *testing.T) {
 // P9.3: addresses in order: those of four, then those of sixteen; of each kind by their first byte that differs.
 func TestOrder(t *testing.T) {
 	rising := []api.Addr{
-		made(0, 0, 0, 0), made(0, 0, 0, 1), made(0, 0, 0, 127), made(0, 0, 0, 128), made(0, 0, 0, 255), made(0, 0, 1, 0), made(0, 1, 0, 0),
-		made(9, 255, 255, 255), made(10, 0, 0, 0), made(10, 0, 0, 1), made(10, 0, 1, 0), made(127, 0, 0, 1), made(128, 0, 0, 0), made(255, 255, 255, 254), made(255, 255, 255, 255),
+		checks.Address(0, 0, 0, 0), checks.Address(0, 0, 0, 1), checks.Address(0, 0, 0, 127), checks.Address(0, 0, 0, 128), checks.Address(0, 0, 0, 255), checks.Address(0, 0, 1, 0), checks.Address(0, 1, 0, 0),
+		checks.Address(9, 255, 255, 255), checks.Address(10, 0, 0, 0), checks.Address(10, 0, 0, 1), checks.Address(10, 0, 1, 0), checks.Address(127, 0, 0, 1), checks.Address(128, 0, 0, 0), checks.Address(255, 255, 255, 254), checks.Address(255, 255, 255, 255),
 		Six(), Six(0, 0, 0, 0, 0, 0, 0, 1), Six(0, 0, 0, 0, 0, 0, 0, 0xFF), Six(0, 0, 0, 0, 0, 0, 0, 0x100), Six(0, 0, 0, 0, 0, 0, 1, 0), Six(0, 0, 0, 1), Six(0, 1), Six(1), Six(0xA00),
 		Six(0x2001, 0xDB8), Six(0x2001, 0xDB8, 0, 0, 0, 0, 0, 1), Six(0x2001, 0xDB9), Six(0x7FFF, 0xFFFF), Six(0x8000),
 		Six(0xFFFF, 0xFFFF, 0xFFFF, 0xFFFF, 0xFFFF, 0xFFFF, 0xFFFF, 0xFFFE), Six(0xFFFF, 0xFFFF, 0xFFFF, 0xFFFF, 0xFFFF, 0xFFFF, 0xFFFF, 0xFFFF),
@@ -826,7 +758,7 @@ func TestCompare(t *testing.T) {
 		for _, b := range all {
 			hold(a, b)
 		}
-		for at := range longest(a) / 8 {
+		for at := range checks.Longest(a) / 8 {
 			for range 20 {
 				b := a
 				b.B[at] = byte(chance.Intn(256))
@@ -835,10 +767,10 @@ func TestCompare(t *testing.T) {
 		}
 	}
 	for range 20000 {
-		hold(byChance(chance), byChance(chance))
+		hold(checks.AnyAddress(chance.Intn), checks.AnyAddress(chance.Intn))
 	}
 	// Bytes behind the fourth are none of an address of four, but are of one of sixteen.
-	dirty := slices.Concat(unlikely(10, 0, 0, 1), unlikely(10, 0, 0, 2), []api.Addr{made(10, 0, 0, 1), made(10, 0, 0, 2)})
+	dirty := slices.Concat(checks.Unlikely(10, 0, 0, 1), checks.Unlikely(10, 0, 0, 2), []api.Addr{checks.Address(10, 0, 0, 1), checks.Address(10, 0, 0, 2)})
 	for _, a := range slices.Clone(dirty) {
 		a.Six = true
 		dirty = append(dirty, a)
@@ -862,9 +794,9 @@ func TestCompare(t *testing.T) {
 
 // P9.3: addresses of four which differ behind their fourth byte alone are the same, and stand where their four bytes tell; of sixteen all bytes count.
 func TestCompareBehindTheFourth(t *testing.T) {
-	less, a, more := made(10, 1, 1, 9), made(10, 1, 1, 10), made(10, 1, 1, 11)
+	less, a, more := checks.Address(10, 1, 1, 9), checks.Address(10, 1, 1, 10), checks.Address(10, 1, 1, 11)
 	six := Six(0x0A01, 0x010A)
-	odd := unlikely(10, 1, 1, 10)
+	odd := checks.Unlikely(10, 1, 1, 10)
 	for _, b := range odd {
 		sixth := b
 		sixth.Six = true
@@ -904,19 +836,19 @@ func TestIsGroup(t *testing.T) {
 	chance := rand.New(rand.NewSource(99))
 	for first := range 256 {
 		for range 50 {
-			a := byChance(chance)
+			a := checks.AnyAddress(chance.Intn)
 			a.B[0] = byte(first)
 			if got, want := IsGroup(a), !a.Six && 224 <= first && first <= 239 || a.Six && first == 255; got != want {
 				t.Fatalf("IsGroup(%v) = %v", a, got)
 			}
 		}
 	}
-	for _, a := range unlikely(224, 0, 0, 1) {
+	for _, a := range checks.Unlikely(224, 0, 0, 1) {
 		if !IsGroup(a) {
 			t.Errorf("%v is none of many", a)
 		}
 	}
-	for _, a := range unlikely(255, 0, 0, 1) {
+	for _, a := range checks.Unlikely(255, 0, 0, 1) {
 		if IsGroup(a) {
 			t.Errorf("%v is one of many", a)
 		}
@@ -941,7 +873,7 @@ func TestAnyOrder(t *testing.T) {
 		s      string
 	}
 	chance := rand.New(rand.NewSource(100))
-	list := slices.Concat(edges(), unlikely(10, 0, 0, 1))
+	list := slices.Concat(edges(), checks.Unlikely(10, 0, 0, 1))
 	texts := []string{"", "1.2.3.4", "1.2.3.256", "::", ":::", "1::2", "2001:DB8::", "x"}
 	var asked []question
 	var answers [][9]any
@@ -965,7 +897,7 @@ func TestListsStay(t *testing.T) {
 	for from := range 40 {
 		for _, n := range []int{0, 3, 4, 5, 15, 16, 17} {
 			a, e := Of(b[from : from+n])
-			if fits := n == 4 || n == 16; fits != (e == api.OK) || fits && a != made(was[from:from+n]...) {
+			if fits := n == 4 || n == 16; fits != (e == api.OK) || fits && a != checks.Address(was[from:from+n]...) {
 				t.Fatalf("Of %d bytes, with others behind: %v, %v", n, a, e)
 			}
 		}
@@ -977,7 +909,7 @@ func TestListsStay(t *testing.T) {
 	kept := slices.Clone(groups)
 	for n := range 11 {
 		want := append(bytesOf(kept[:n]), make([]byte, 16)...)
-		if got := Six(groups[:n]...); got != made(want[:16]...) {
+		if got := Six(groups[:n]...); got != checks.Address(want[:16]...) {
 			t.Fatalf("Six of %d groups, with others behind: %v", n, got)
 		}
 	}
@@ -988,20 +920,20 @@ func TestListsStay(t *testing.T) {
 	six := Six(groups...)
 	clear(b)
 	clear(groups)
-	if a != made(was[:16]...) || six != made(bytesOf(kept[:8])...) {
+	if a != checks.Address(was[:16]...) || six != checks.Address(bytesOf(kept[:8])...) {
 		t.Error("what was handed in is kept")
 	}
 }
 
 // R4: what is answered is the caller's, who may write into it, and behind it.
 func TestAnswersAreTheCallers(t *testing.T) {
-	for _, a := range slices.Concat(edges(), unlikely(10, 11, 12, 13)) {
+	for _, a := range slices.Concat(edges(), checks.Unlikely(10, 11, 12, 13)) {
 		was := a
 		got, again := Bytes(a), Bytes(a)
 		for i := range got[:cap(got)] {
 			got[:cap(got)][i] ^= 0x55
 		}
-		if a != was || !bytes.Equal(again, Bytes(a)) || !bytes.Equal(again, was.B[:longest(a)/8]) {
+		if a != was || !bytes.Equal(again, Bytes(a)) || !bytes.Equal(again, was.B[:checks.Longest(a)/8]) {
 			t.Fatalf("%v: %x, and anew %x", was, again, Bytes(a))
 		}
 	}

@@ -28,6 +28,7 @@ func TestWays(t *testing.T) {
 		{"seg", "closure three-index"},
 		{"icmp", "iota"},
 		{"frag", "map delete range-function"},
+		{"route", "map delete"},
 	} {
 		has := waysOf(t, c.layer)
 		for _, w := range strings.Fields(c.words) {

@@ -57,15 +57,8 @@ func edges() []api.Packet {
 
 // unlikely are addresses that no packet of IPv4 may have: of sixteen bytes, and of four with bytes behind the fourth.
 func unlikely() []api.Addr {
-	out := []api.Addr{{Six: true}, addr.Six(0x2001, 0xDB8, 0, 0, 1, 0, 0, 1), {Six: true, B: [16]byte{10, 0, 0, 1}}, {B: checks.Filled(255)}}
-	for i := 4; i < 16; i++ {
-		for _, c := range []byte{1, 0x80, 255} {
-			a := addr.Four(10, 0, 0, 1)
-			a.B[i] = c
-			out = append(out, a)
-		}
-	}
-	return out
+	others := []api.Addr{{Six: true}, addr.Six(0x2001, 0xDB8, 0, 0, 1, 0, 0, 1), {Six: true, B: [16]byte{10, 0, 0, 1}}, {B: checks.Filled(255)}}
+	return append(others, checks.Unlikely(10, 0, 0, 1)...)
 }
 
 // wrongs are packets that may not be, each for one reason, or for two at most.
