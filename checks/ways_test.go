@@ -29,6 +29,7 @@ func TestWays(t *testing.T) {
 		{"icmp", "iota"},
 		{"frag", "map delete range-function"},
 		{"route", "map delete"},
+		{"pmtu", "map method-value"},
 	} {
 		has := waysOf(t, c.layer)
 		for _, w := range strings.Fields(c.words) {
@@ -43,7 +44,7 @@ func TestWays(t *testing.T) {
 func waysOf(t *testing.T, layer string) map[string]bool {
 	decls := declsOf(t, layer)
 	inside := insideOf(decls)
-	has := map[string]bool{"embedding": len(inside) > 0, "promoted": promotes(decls, inside)}
+	has := map[string]bool{"embedding": len(inside) > 0, "promoted": promotes(decls, inside), "method-value": handsOn(decls)}
 	for _, d := range decls {
 		if g, ok := d.(*ast.GenDecl); ok && g.Tok != token.CONST {
 			continue
@@ -130,25 +131,55 @@ func lastName(e ast.Expr) string {
 	return ""
 }
 
+// eachMethod goes through the methods that name their receivers, with these names, and those of their types.
+func eachMethod(decls []ast.Decl, tell func(f *ast.FuncDecl, receiver, of string)) {
+	for _, d := range decls {
+		if f, ok := d.(*ast.FuncDecl); ok && f.Recv != nil && len(f.Recv.List[0].Names) > 0 {
+			tell(f, f.Recv.List[0].Names[0].Name, lastName(f.Recv.List[0].Type))
+		}
+	}
+}
+
+// asks tells of an expression whether a method asks its receiver for something, and for what.
+func asks(n ast.Node, receiver string) (*ast.SelectorExpr, bool) {
+	x, ok := n.(*ast.SelectorExpr)
+	if !ok {
+		return nil, false
+	}
+	of, ok := x.X.(*ast.Ident)
+	return x, ok && of.Name == receiver
+}
+
 // promotes tells whether some method asks its receiver for what its type has not itself, but only by what is in it.
 func promotes(decls []ast.Decl, inside map[string]map[string]bool) bool {
 	found := false
-	for _, d := range decls {
-		f, ok := d.(*ast.FuncDecl)
-		if !ok || f.Recv == nil || len(f.Recv.List[0].Names) == 0 {
-			continue
-		}
-		own, receiver := inside[lastName(f.Recv.List[0].Type)], f.Recv.List[0].Names[0].Name
+	eachMethod(decls, func(f *ast.FuncDecl, receiver, of string) {
+		own := inside[of]
 		ast.Inspect(f, func(n ast.Node) bool {
-			x, ok := n.(*ast.SelectorExpr)
-			if !ok || own == nil {
-				return true
-			}
-			of, ok := x.X.(*ast.Ident)
-			found = found || ok && of.Name == receiver && !own[x.Sel.Name]
+			x, ok := asks(n, receiver)
+			found = found || ok && own != nil && !own[x.Sel.Name]
 			return true
 		})
-	}
+	})
+	return found
+}
+
+// handsOn tells whether some method asks its receiver for a method that it does not call there.
+func handsOn(decls []ast.Decl) bool {
+	methods := map[[2]string]bool{}
+	eachMethod(decls, func(f *ast.FuncDecl, _, of string) { methods[[2]string{of, f.Name.Name}] = true })
+	found := false
+	eachMethod(decls, func(f *ast.FuncDecl, receiver, of string) {
+		called := map[ast.Expr]bool{}
+		ast.Inspect(f, func(n ast.Node) bool {
+			if c, ok := n.(*ast.CallExpr); ok {
+				called[ast.Unparen(c.Fun)] = true
+			}
+			x, ok := asks(n, receiver)
+			found = found || ok && methods[[2]string{of, x.Sel.Name}] && !called[x]
+			return true
+		})
+	})
 	return found
 }
 
