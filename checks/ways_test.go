@@ -30,6 +30,7 @@ func TestWays(t *testing.T) {
 		{"frag", "map delete range-function"},
 		{"route", "map delete"},
 		{"pmtu", "map method-value"},
+		{"draw", "variadic"},
 	} {
 		has := waysOf(t, c.layer)
 		for _, w := range strings.Fields(c.words) {
