@@ -31,6 +31,7 @@ func TestWays(t *testing.T) {
 		{"route", "map delete"},
 		{"pmtu", "map method-value"},
 		{"draw", "variadic"},
+		{"mkt", "closure"},
 	} {
 		has := waysOf(t, c.layer)
 		for _, w := range strings.Fields(c.words) {
