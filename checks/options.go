@@ -34,6 +34,37 @@ func Runs(n int) func(o *api.Opts) {
 // Full is what has an option of each kind that fits beside the others: its bytes are 36, filled up.
 func Full() api.Opts { return With(api.Opts{}, Kinds()...) }
 
+// OptionBytes are the bytes of options by the words of layer 12, of any.
+func OptionBytes(o api.Opts) []byte {
+	var b []byte
+	if o.HasMSS {
+		b = append(append(b, 2, 4), Big(2, uint32(o.MSS))...)
+	}
+	if o.HasScale {
+		b = append(b, 3, 3, o.Scale)
+	}
+	if o.SackOK {
+		b = append(b, 4, 2)
+	}
+	if o.HasTime {
+		b = append(append(b, 8, 10), Big(4, o.Val, o.Echo)...)
+	}
+	if len(o.Sacks) != 0 {
+		b = append(b, 5, byte(2+8*len(o.Sacks)))
+		for _, s := range o.Sacks {
+			b = append(b, Big(4, s.Left, s.Right)...)
+		}
+	}
+	if o.HasAO {
+		b = append(b, 29, 16, o.KeyID, o.NextID)
+		b = append(b, o.MAC[:]...)
+	}
+	for len(b)%4 != 0 {
+		b = append(b, 0)
+	}
+	return b
+}
+
 // Strays tell something of what options do not have, each alone.
 func Strays() []func(o *api.Opts) {
 	out := []func(o *api.Opts){

@@ -66,11 +66,28 @@ func Single(b []byte) [][]byte {
 	return parts
 }
 
+// Guarded are bytes that have others ahead of them and behind them in one list, and that list.
+func Guarded(b []byte) (inside, all []byte) {
+	all = slices.Concat([]byte{1, 2, 3}, b, []byte{4, 5, 6, 7})
+	return all[3 : 3+len(b)], all
+}
+
 // Rising are n bytes from 0 on.
 func Rising(n int) []byte {
 	b := make([]byte, n)
 	for i := range b {
 		b[i] = byte(i)
+	}
+	return b
+}
+
+// Big are numbers as bytes, size of each, with its highest byte first.
+func Big(size int, numbers ...uint32) []byte {
+	var b []byte
+	for _, n := range numbers {
+		for at := size; at > 0; at-- {
+			b = append(b, byte(n>>(8*(at-1))))
+		}
 	}
 	return b
 }

@@ -32,6 +32,7 @@ func TestWays(t *testing.T) {
 		{"pmtu", "map method-value"},
 		{"draw", "variadic"},
 		{"mkt", "closure"},
+		{"ao", "array-compared"},
 	} {
 		has := waysOf(t, c.layer)
 		for _, w := range strings.Fields(c.words) {
@@ -251,9 +252,11 @@ func isArray(e ast.Expr) bool {
 	return ok && x.Len != nil
 }
 
-// isArrayValue tells of an expression whether it is an array that is written out, or made of a slice.
+// isArrayValue tells of an expression whether it is an array that is written out, or made of a slice, or the field that package api has for a MAC.
 func isArrayValue(e ast.Expr) bool {
 	switch x := ast.Unparen(e).(type) {
+	case *ast.SelectorExpr:
+		return x.Sel.Name == "MAC"
 	case *ast.CompositeLit:
 		return isArray(x.Type)
 	case *ast.CallExpr:

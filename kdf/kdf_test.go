@@ -6,7 +6,6 @@ import (
 	"crypto/sha1"
 	"encoding/binary"
 	"encoding/hex"
-	"math"
 	"math/rand"
 	"slices"
 	"strings"
@@ -19,11 +18,6 @@ import (
 
 // algs are both algorithms.
 func algs() []int { return []int{SHA1, AES} }
-
-// noAlgs are numbers that are neither, among them some whose lowest bits are one.
-func noAlgs() []int {
-	return []int{0, 3, 4, 16, 20, 255, 256, 257, 258, 1<<16 + 1, 1<<32 + 1, 1<<32 + 2, math.MaxInt, -1, -2, -3, -255, -254, math.MinInt, math.MinInt + 1, math.MinInt + 2}
-}
 
 // end is an end of the bytes of an address, and a port.
 func end(port uint16, b ...byte) api.End {
@@ -178,7 +172,7 @@ func TestSize(t *testing.T) {
 	if Size(1) != 20 || Size(2) != 16 {
 		t.Error(Size(1), Size(2))
 	}
-	for _, alg := range noAlgs() {
+	for _, alg := range checks.NoAlgs() {
 		if got := Size(alg); got != 0 {
 			t.Errorf("Size(%d) = %d", alg, got)
 		}
@@ -529,14 +523,14 @@ func TestWrongKeys(t *testing.T) {
 					t.Errorf("Key(%d), master of %d: %x, %v", alg, len(master), got, e)
 				}
 			}
-			for _, alg := range noAlgs() {
+			for _, alg := range checks.NoAlgs() {
 				if got, e := Key(alg, master, context); got != nil || e != api.ErrKind {
 					t.Errorf("Key(%d), master of %d: %x, %v", alg, len(master), got, e)
 				}
 			}
 		}
 		for _, k := range []int{1, 15, 16, 17, 20, 64, 65, 79, 80} {
-			for _, alg := range noAlgs() {
+			for _, alg := range checks.NoAlgs() {
 				if got, e := Key(alg, checks.Rising(k), context); got != nil || e != api.ErrKind {
 					t.Errorf("Key(%d), master of %d: %x, %v", alg, k, got, e)
 				}
@@ -673,7 +667,7 @@ func TestWrongMACs(t *testing.T) {
 				}
 			}
 		}
-		for _, alg := range noAlgs() {
+		for _, alg := range checks.NoAlgs() {
 			for _, key := range [][]byte{nil, {}, checks.Rising(1), checks.Rising(15), checks.Rising(16), checks.Rising(20), checks.Rising(100)} {
 				if got, e := MAC(alg, key, parts...); got != [12]byte{} || e != api.ErrKind {
 					t.Errorf("MAC(%d), key of %d: %x, %v", alg, len(key), got, e)

@@ -164,17 +164,11 @@ func TestAskedAgain(t *testing.T) {
 	})
 }
 
-// guarded is a master key of these bytes, with others ahead of it and behind it in one list, and that list.
-func guarded(master []byte) (inside, all []byte) {
-	all = slices.Concat([]byte{1, 2, 3}, master, []byte{4, 5, 6, 7})
-	return all[3 : 3+len(master)], all
-}
-
 // R4: what is handed in stays as it was, as does what stands around it, whatever is called.
 func TestWhatIsHandedInStays(t *testing.T) {
 	for _, size := range []int{0, 1, 2, 16, 79, 80, 81} {
 		for _, alg := range []int{0, 1, 2} {
-			master, all := guarded(checks.Rising(size))
+			master, all := checks.Guarded(checks.Rising(size))
 			was := slices.Clone(all)
 			k := key(t, "10.0.0.0/8", 1, 2)
 			k.Alg, k.Master = alg, master
@@ -199,7 +193,7 @@ func TestWhatIsHandedInStays(t *testing.T) {
 // R4: a ring's master keys are its own: turning what was handed in, or what stands behind it, turns nothing that the ring has.
 func TestMastersAreNotKept(t *testing.T) {
 	for _, size := range []int{1, 2, 16, 79, 80} {
-		master, all := guarded(checks.Rising(size))
+		master, all := checks.Guarded(checks.Rising(size))
 		k := key(t, "10.0.0.0/8", 1, 2)
 		k.Master = master
 		want := numbered(1, key(t, "10.0.0.0/8", 1, 2))

@@ -14,7 +14,7 @@ func fitByWords(o api.Opts) api.Opts {
 	for n := 4; n > 0; n-- {
 		less := o
 		less.Sacks = o.Sacks[:min(n, len(o.Sacks))]
-		if len(spelt(less)) <= 40 {
+		if len(checks.OptionBytes(less)) <= 40 {
 			return less
 		}
 	}

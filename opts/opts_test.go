@@ -2,7 +2,6 @@ package opts
 
 import (
 	"bytes"
-	"encoding/binary"
 	"fmt"
 	"math"
 	"math/rand"
@@ -73,7 +72,7 @@ func ends() []api.Opts {
 func edges() []api.Opts {
 	out := ends()
 	for _, o := range sets() {
-		if len(spelt(o)) <= 40 {
+		if len(checks.OptionBytes(o)) <= 40 {
 			out = append(out, o)
 		}
 	}
@@ -94,44 +93,11 @@ func wrongs() []api.Opts {
 		out = append(out, checks.With(api.Opts{}, checks.Runs(n)), checks.With(checks.Full(), checks.Runs(n)))
 	}
 	for _, o := range sets() {
-		if len(spelt(o)) > 40 {
+		if len(checks.OptionBytes(o)) > 40 {
 			out = append(out, o)
 		}
 	}
 	return out
-}
-
-// spelt are the bytes of options by the chapter's words, of any.
-func spelt(o api.Opts) []byte {
-	var b []byte
-	if o.HasMSS {
-		b = binary.BigEndian.AppendUint16(append(b, 2, 4), o.MSS)
-	}
-	if o.HasScale {
-		b = append(b, 3, 3, o.Scale)
-	}
-	if o.SackOK {
-		b = append(b, 4, 2)
-	}
-	if o.HasTime {
-		b = binary.BigEndian.AppendUint32(append(b, 8, 10), o.Val)
-		b = binary.BigEndian.AppendUint32(b, o.Echo)
-	}
-	if len(o.Sacks) != 0 {
-		b = append(b, 5, byte(2+8*len(o.Sacks)))
-		for _, s := range o.Sacks {
-			b = binary.BigEndian.AppendUint32(b, s.Left)
-			b = binary.BigEndian.AppendUint32(b, s.Right)
-		}
-	}
-	if o.HasAO {
-		b = append(b, 29, 16, o.KeyID, o.NextID)
-		b = append(b, o.MAC[:]...)
-	}
-	for len(b)%4 != 0 {
-		b = append(b, 0)
-	}
-	return b
 }
 
 // may tells by the chapter's words whether options may be.
@@ -142,7 +108,7 @@ func may(o api.Opts) bool {
 	if !o.HasAO && (o.KeyID != 0 || o.NextID != 0 || !bytes.Equal(o.MAC[:], make([]byte, 12))) {
 		return false
 	}
-	return o.Scale < 15 && len(o.Sacks) < 5 && len(spelt(o)) < 41
+	return o.Scale < 15 && len(o.Sacks) < 5 && len(checks.OptionBytes(o)) < 41
 }
 
 // alike tells whether options are the same: no Sacks are the same as none.
@@ -246,7 +212,7 @@ func TestLay(t *testing.T) {
 	many := map[bool]int{}
 	for _, o := range tried(rand.New(rand.NewSource(124)), 50000) {
 		b, e := Lay(o)
-		want := spelt(o)
+		want := checks.OptionBytes(o)
 		if May(o) != may(o) {
 			t.Fatalf("May(%s) = %t", short(o), May(o))
 		}

@@ -244,7 +244,7 @@ func TestAnyOrderOfOptions(t *testing.T) {
 			{HasMSS: o.HasMSS, MSS: o.MSS}, {HasScale: o.HasScale, Scale: o.Scale}, {SackOK: o.SackOK}, {Sacks: o.Sacks},
 			{HasTime: o.HasTime, Val: o.Val, Echo: o.Echo}, {HasAO: o.HasAO, KeyID: o.KeyID, NextID: o.NextID, MAC: o.MAC},
 		} {
-			if b := spelt(one); len(b) > 0 {
+			if b := checks.OptionBytes(one); len(b) > 0 {
 				pieces = append(pieces, b[:b[1]])
 			}
 		}

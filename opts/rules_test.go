@@ -49,11 +49,11 @@ func TestListsStay(t *testing.T) {
 		o.Sacks = room[:len(o.Sacks)]
 		b, e := Lay(o)
 		fit, bare := Fit(o), Bare(o)
-		if May(o) != may(want) || Size(o) != len(spelt(want)) || !Same(o, want) || !Same(want, o) || !slices.Equal(room, was) {
+		if May(o) != may(want) || Size(o) != len(checks.OptionBytes(want)) || !Same(o, want) || !Same(want, o) || !slices.Equal(room, was) {
 			t.Fatalf("%s: the Sacks were written into, or what is behind them counts", short(want))
 		}
 		clear(room)
-		if (e == api.OK) != may(want) || e == api.OK && !bytes.Equal(b, spelt(want)) || !alike(fit, fitByWords(want)) || !alike(bare, Bare(want)) {
+		if (e == api.OK) != may(want) || e == api.OK && !bytes.Equal(b, checks.OptionBytes(want)) || !alike(fit, fitByWords(want)) || !alike(bare, Bare(want)) {
 			t.Fatalf("%s: the Sacks are kept", short(want))
 		}
 	}
@@ -78,7 +78,7 @@ func TestAnswersAreTheCallers(t *testing.T) {
 	for _, o := range edges() {
 		was := o
 		was.Sacks = slices.Clone(o.Sacks)
-		text := spelt(o)
+		text := checks.OptionBytes(o)
 		one, two := laid(t, o), laid(t, o)
 		checks.Spoil(one)
 		if !alike(o, was) || !bytes.Equal(two, text) || !bytes.Equal(laid(t, o), text) {

@@ -54,7 +54,7 @@ func parsed(t *testing.T, w checks.Way, b []byte) api.Seg {
 // refuse holds that bytes are told an error of, and nothing besides.
 func refuse(t *testing.T, what string, w checks.Way, b []byte, want api.Errno) {
 	t.Helper()
-	if s, e := Parse(w.Src, w.Dst, b); e != want || !alike(s, api.Seg{}) || s.Data != nil {
+	if s, e := Parse(w.Src, w.Dst, b); e != want || !checks.AlikeSegs(s, api.Seg{}) || s.Data != nil {
 		t.Errorf("%s: Parse(%x, %d bytes) = %s, %v, not %v", what, b[:min(len(b), 80)], len(b), brief(s), e, want)
 	}
 }
@@ -64,10 +64,10 @@ func checked(t *testing.T, w checks.Way, b []byte) api.Errno {
 	t.Helper()
 	got, e := Parse(w.Src, w.Dst, b)
 	want, f := wanted(w, b)
-	if e != f || !alike(got, want) {
+	if e != f || !checks.AlikeSegs(got, want) {
 		t.Fatalf("Parse(%x, %d bytes) = %s, %v, not %s, %v", b[:min(len(b), 80)], len(b), brief(got), e, brief(want), f)
 	}
-	if e == api.OK && (!May(got) || !alike(parsed(t, w, laid(t, w, got)), got)) {
+	if e == api.OK && (!May(got) || !checks.AlikeSegs(parsed(t, w, laid(t, w, got)), got)) {
 		t.Fatalf("Parse(%x) = %s; May %t", b[:min(len(b), 80)], brief(got), May(got))
 	}
 	return e
@@ -75,7 +75,7 @@ func checked(t *testing.T, w checks.Way, b []byte) api.Errno {
 
 // raw are the bytes of an ordinary segment with these options, which fill a header with others, and this data.
 func raw(w checks.Way, options, data []byte) []byte {
-	s := ordinary()
+	s := checks.Ordinary()
 	b := []byte{byte(s.Src >> 8), byte(s.Src), byte(s.Dst >> 8), byte(s.Dst), 1, 2, 3, 4, 0xA0, 0xB0, 0xC0, 0xD0, byte(5+len(options)/4) << 4, s.Flags, 1, 0xF5, 0, 0, 0, 0}
 	return summed(w, slices.Concat(b, options, data))
 }
@@ -97,7 +97,7 @@ func misfit(b []byte) []byte {
 // P13.2: known bytes.
 func TestKnownSegments(t *testing.T) {
 	for _, c := range examples() {
-		if got := parsed(t, c.w, checks.Unhex(c.want)); !alike(got, c.s) {
+		if got := parsed(t, c.w, checks.Unhex(c.want)); !checks.AlikeSegs(got, c.s) {
 			t.Errorf("%s is parsed as %s", c.want, brief(got))
 		}
 	}
@@ -105,7 +105,7 @@ func TestKnownSegments(t *testing.T) {
 	o := api.Opts{HasMSS: true, MSS: 1460, HasScale: true, Scale: 8, SackOK: true, HasTime: true, Val: 0x155AB7}
 	for _, w := range checks.Ways() {
 		b := raw(w, checks.Unhex("020405b4 01 030308 0402 080a00155ab700000000"), []byte("hello"))
-		if got := parsed(t, w, b); !alike(got, choosing(o, ordinary([]byte("hello")...))) {
+		if got := parsed(t, w, b); !checks.AlikeSegs(got, checks.Choosing(o, checks.Ordinary([]byte("hello")...))) {
 			t.Errorf("%x is parsed as %s", b, brief(got))
 		}
 	}
@@ -119,7 +119,7 @@ func TestLaidIsParsed(t *testing.T) {
 			list = list[:2]
 		}
 		for _, w := range list {
-			if got := parsed(t, w, laid(t, w, s)); !alike(got, s) || !Same(got, s) {
+			if got := parsed(t, w, laid(t, w, s)); !checks.AlikeSegs(got, s) || !Same(got, s) {
 				t.Fatalf("%s is parsed as %s", brief(s), brief(got))
 			}
 		}
@@ -139,7 +139,7 @@ func TestHeaders(t *testing.T) {
 			for _, n := range []int{0, 1, 2, 3, 4, 16, 535, 536, 16383, 16384} {
 				for _, w := range checks.Ways()[:2] {
 					b := raw(w, options, checks.Rising(n))
-					if got := parsed(t, w, b); !alike(got, choosing(want, sized(n))) || len(b) != 20+4*words+n || int(b[12]) != 80+16*words {
+					if got := parsed(t, w, b); !checks.AlikeSegs(got, checks.Choosing(want, checks.Sized(n))) || len(b) != 20+4*words+n || int(b[12]) != 80+16*words {
 						t.Errorf("%x is parsed as %s", b[:min(len(b), 80)], brief(got))
 					}
 				}
@@ -147,16 +147,16 @@ func TestHeaders(t *testing.T) {
 		}
 	}
 	// With the most options, and the most data.
-	full := choosing(options()[12], sized(16384))
-	b := raw(checks.SixWay(), slices.Concat([]byte{2, 4, 5, 180, 4, 2, 5, 34}, spelt(t, checks.FourWay(), full)[28:60]), full.Data)
-	if got := parsed(t, checks.SixWay(), b); !alike(got, full) || len(got.Opts.Sacks) != 4 || b[12] != 0xF0 {
+	full := checks.Choosing(checks.Options()[12], checks.Sized(16384))
+	b := raw(checks.SixWay(), slices.Concat([]byte{2, 4, 5, 180, 4, 2, 5, 34}, spelt(checks.FourWay(), full)[28:60]), full.Data)
+	if got := parsed(t, checks.SixWay(), b); !checks.AlikeSegs(got, full) || len(got.Opts.Sacks) != 4 || b[12] != 0xF0 {
 		t.Error(brief(got))
 	}
 }
 
 // P13.2, P13.6: each lower half of the byte at 12, and each bit of it, tell nothing, and neither do the highest bits of the flags: they are laid as 0.
 func TestBitsThatTellNothing(t *testing.T) {
-	for _, s := range []api.Seg{{}, sized(7), choosing(checks.Full(), sized(16)), flagged(63, sized(1))} {
+	for _, s := range []api.Seg{{}, checks.Sized(7), checks.Choosing(checks.Full(), checks.Sized(16)), checks.Flagged(63, checks.Sized(1))} {
 		for _, w := range checks.Ways()[:2] {
 			b := laid(t, w, s)
 			for lower := range byte(16) {
@@ -166,7 +166,7 @@ func TestBitsThatTellNothing(t *testing.T) {
 					text[13] |= upper << 6
 					summed(w, text)
 					got := parsed(t, w, text)
-					if !alike(got, s) || !May(got) || !bytes.Equal(laid(t, w, got), b) {
+					if !checks.AlikeSegs(got, s) || !May(got) || !bytes.Equal(laid(t, w, got), b) {
 						t.Errorf("%x is parsed as %s", text, brief(got))
 					}
 				}
@@ -180,7 +180,7 @@ func TestHeaderErrors(t *testing.T) {
 	for _, w := range checks.Ways() {
 		refuse(t, "nil", w, nil, api.ErrEnd)
 		refuse(t, "no bytes, with room", w, make([]byte, 0, 100), api.ErrEnd)
-		good := laid(t, w, sized(40))
+		good := laid(t, w, checks.Sized(40))
 		for n := range 20 {
 			refuse(t, "fewer than 20 bytes", w, good[:n], api.ErrEnd)
 			refuse(t, "fewer than 20 bytes 0", w, make([]byte, n), api.ErrEnd)
@@ -191,7 +191,7 @@ func TestHeaderErrors(t *testing.T) {
 			case size < 20:
 				refuse(t, "an upper half below 5", w, b, api.ErrForm)
 			case size == 20:
-				if got := parsed(t, w, b); !alike(got, sized(40)) {
+				if got := parsed(t, w, b); !checks.AlikeSegs(got, checks.Sized(40)) {
 					t.Errorf("%x is parsed as %s", b, brief(got))
 				}
 			default:
@@ -208,7 +208,7 @@ func TestHeaderErrors(t *testing.T) {
 // P13.2: of all check sums only one is good; a check sum of 0, and one of FFFF, are told apart by nothing.
 func TestSums(t *testing.T) {
 	for _, w := range checks.Ways()[:2] {
-		good := laid(t, w, sized(3))
+		good := laid(t, w, checks.Sized(3))
 		for n := range 1 << 16 {
 			b := slices.Clone(good)
 			binary.BigEndian.PutUint16(b[16:], uint16(n))
@@ -218,11 +218,11 @@ func TestSums(t *testing.T) {
 		}
 		found := false
 		for n := uint16(0); !found && n < 1<<16-1; n++ {
-			s := checks.With(sized(3), func(s *api.Seg) { s.Window = n })
+			s := checks.With(checks.Sized(3), func(s *api.Seg) { s.Window = n })
 			b := laid(t, w, s)
 			if found = b[16] == 0 && b[17] == 0; found {
 				b[16], b[17] = 255, 255
-				if got := parsed(t, w, b); !alike(got, s) {
+				if got := parsed(t, w, b); !checks.AlikeSegs(got, s) {
 					t.Errorf("%x is parsed as %s", b, brief(got))
 				}
 				b[16], b[17] = 255, 254
@@ -258,14 +258,14 @@ func TestEachBit(t *testing.T) {
 // P13.2: between other addresses nothing is parsed, but where their sum is the same: so it is, if both are changed about.
 func TestOtherAddresses(t *testing.T) {
 	for _, w := range checks.Ways()[:2] {
-		s := choosing(checks.Full(), sized(11))
+		s := checks.Choosing(checks.Full(), checks.Sized(11))
 		b := laid(t, w, s)
 		size := len(addr.Bytes(w.Src))
 		for bit := range 8 * size {
 			refuse(t, "another src", checks.FromTo(api.Addr{Six: w.Src.Six, B: checks.Flipped(w.Src.B, bit)}, w.Dst), b, api.ErrSum)
 			refuse(t, "another dst", checks.FromTo(w.Src, api.Addr{Six: w.Dst.Six, B: checks.Flipped(w.Dst.B, bit)}), b, api.ErrSum)
 		}
-		if got := parsed(t, checks.FromTo(w.Dst, w.Src), b); !alike(got, s) {
+		if got := parsed(t, checks.FromTo(w.Dst, w.Src), b); !checks.AlikeSegs(got, s) {
 			t.Error(brief(got))
 		}
 		for _, other := range checks.Ways() {
@@ -273,7 +273,7 @@ func TestOtherAddresses(t *testing.T) {
 			if other == w || other.Sum(6, b) == 0xFFFF {
 				want = api.OK
 			}
-			if got, e := Parse(other.Src, other.Dst, b); e != want || e != api.OK && !alike(got, api.Seg{}) {
+			if got, e := Parse(other.Src, other.Dst, b); e != want || e != api.OK && !checks.AlikeSegs(got, api.Seg{}) {
 				t.Errorf("%v: %s, %v, not %v", other, brief(got), e, want)
 			}
 		}
@@ -281,7 +281,7 @@ func TestOtherAddresses(t *testing.T) {
 	// What stands behind the four bytes of an address does not count.
 	odd := checks.FourWay()
 	odd.Src.B[4], odd.Dst.B[15] = 1, 255
-	if b := laid(t, checks.FourWay(), sized(9)); !bytes.Equal(laid(t, odd, sized(9)), b) || !alike(parsed(t, odd, b), sized(9)) {
+	if b := laid(t, checks.FourWay(), checks.Sized(9)); !bytes.Equal(laid(t, odd, checks.Sized(9)), b) || !checks.AlikeSegs(parsed(t, odd, b), checks.Sized(9)) {
 		t.Error("what stands behind an address of four counts")
 	}
 }

@@ -38,10 +38,10 @@ func TestReset(t *testing.T) {
 		{api.Seg{Seq: most - 1, Flags: api.Fin, Data: []byte{1, 2}}, api.Seg{Ack: 1, Flags: api.Rst | api.Ack}},
 		{api.Seg{Ack: most, Flags: api.Ack}, api.Seg{Seq: most, Flags: api.Rst}},
 		{api.Seg{Seq: most, Ack: 0, Flags: api.Ack}, api.Seg{Flags: api.Rst}},
-		{choosing(checks.Full(), api.Seg{Seq: 3, Ack: 4, Flags: api.Ack | api.Urg | api.Psh, Window: 500, Urgent: 8, Data: []byte("hello")}), api.Seg{Seq: 4, Flags: api.Rst}},
-		{choosing(checks.Full(), api.Seg{Seq: 3, Ack: 4, Flags: api.Urg | api.Psh, Window: 500, Urgent: 8, Data: []byte("hello")}), api.Seg{Ack: 8, Flags: api.Rst | api.Ack}},
+		{checks.Choosing(checks.Full(), api.Seg{Seq: 3, Ack: 4, Flags: api.Ack | api.Urg | api.Psh, Window: 500, Urgent: 8, Data: []byte("hello")}), api.Seg{Seq: 4, Flags: api.Rst}},
+		{checks.Choosing(checks.Full(), api.Seg{Seq: 3, Ack: 4, Flags: api.Urg | api.Psh, Window: 500, Urgent: 8, Data: []byte("hello")}), api.Seg{Ack: 8, Flags: api.Rst | api.Ack}},
 	} {
-		if got, ok := Reset(c.s); !ok || !alike(got, c.want) {
+		if got, ok := Reset(c.s); !ok || !checks.AlikeSegs(got, c.want) {
 			t.Errorf("Reset(%s) = %s, %t", brief(c.s), brief(got), ok)
 		}
 	}
@@ -50,8 +50,8 @@ func TestReset(t *testing.T) {
 // P13.3: none of what has Rst, whatever else it has.
 func TestResetOfRst(t *testing.T) {
 	for flags := range 256 {
-		s := flagged(uint8(flags)|api.Rst, choosing(checks.Full(), sized(5)))
-		if got, ok := Reset(s); ok || !alike(got, api.Seg{}) {
+		s := checks.Flagged(uint8(flags)|api.Rst, checks.Choosing(checks.Full(), checks.Sized(5)))
+		if got, ok := Reset(s); ok || !checks.AlikeSegs(got, api.Seg{}) {
 			t.Errorf("Reset(%s) = %s, %t", brief(s), brief(got), ok)
 		}
 	}
@@ -68,13 +68,13 @@ func TestResetByWords(t *testing.T) {
 		}
 	}
 	list = append(list, tried(rand.New(rand.NewSource(135)), 2000)...)
-	for _, s := range append(list, wrongs()...) {
+	for _, s := range append(list, checks.WrongSegments()...) {
 		got, ok := Reset(s)
 		want, fine := resetByWords(s)
-		if !alike(got, want) || ok != fine || !May(got) {
+		if !checks.AlikeSegs(got, want) || ok != fine || !May(got) {
 			t.Fatalf("Reset(%s) = %s, %t, not %s, %t", brief(s), brief(got), ok, brief(want), fine)
 		}
-		if again, ok := Reset(got); fine && (ok || !alike(again, api.Seg{})) {
+		if again, ok := Reset(got); fine && (ok || !checks.AlikeSegs(again, api.Seg{})) {
 			t.Fatalf("%s is answered itself", brief(got))
 		}
 	}

@@ -37,7 +37,7 @@ func (q question) answers() [13]any {
 
 // fewer are segments that may be, and such that may not, with no long lists.
 func fewer(chance *rand.Rand, n int) []api.Seg {
-	list := slices.Concat(tried(chance, n), wrongs())
+	list := slices.Concat(tried(chance, n), checks.WrongSegments())
 	return slices.DeleteFunc(list, func(s api.Seg) bool { return len(s.Data) > 600 })
 }
 
@@ -66,7 +66,7 @@ func TestListsStay(t *testing.T) {
 	for range 5000 {
 		q := asked(chance, list)
 		want := q
-		want.s = copied(q.s)
+		want.s = checks.CopiedSeg(q.s)
 		want.b = slices.Clone(q.b)
 		var data, text []byte
 		var sacks []api.Block
@@ -88,7 +88,7 @@ func TestListsStay(t *testing.T) {
 		clear(sacks)
 		again, _ := Lay(want.w.Src, want.w.Dst, want.s)
 		same, _ := wanted(want.w, want.b)
-		if !bytes.Equal(laid, again) || !alike(parsed, same) || !alike(trim, trimByWords(want.s, want.begin, want.size)) {
+		if !bytes.Equal(laid, again) || !checks.AlikeSegs(parsed, same) || !checks.AlikeSegs(trim, trimByWords(want.s, want.begin, want.size)) {
 			t.Fatalf("%s: the lists are kept", brief(want.s))
 		}
 	}
@@ -104,28 +104,28 @@ func TestAnswersAreTheCallers(t *testing.T) {
 		if !may(s) {
 			continue
 		}
-		was := copied(s)
-		text := spelt(t, checks.SixWay(), s)
+		was := checks.CopiedSeg(s)
+		text := spelt(checks.SixWay(), s)
 		one, two := laid(t, checks.SixWay(), s), laid(t, checks.SixWay(), s)
 		checks.Spoil(one)
-		if !alike(s, was) || !bytes.Equal(two, text) || !bytes.Equal(laid(t, checks.SixWay(), s), text) {
+		if !checks.AlikeSegs(s, was) || !bytes.Equal(two, text) || !bytes.Equal(laid(t, checks.SixWay(), s), text) {
 			t.Fatalf("%s: what is laid is not the caller's", brief(was))
 		}
 		room := append(slices.Clone(text), 1, 2, 3)
 		first, second := parsed(t, checks.SixWay(), room[:len(text)]), parsed(t, checks.SixWay(), room[:len(text)])
 		spoil(first)
-		if !alike(second, was) || !bytes.Equal(room, append(slices.Clone(text), 1, 2, 3)) {
+		if !checks.AlikeSegs(second, was) || !bytes.Equal(room, append(slices.Clone(text), 1, 2, 3)) {
 			t.Fatalf("%s: what is parsed is not the caller's", brief(was))
 		}
 	}
 	for _, s := range fewer(rand.New(rand.NewSource(145)), 1000) {
 		s.Data, s.Opts.Sacks = slices.Grow(s.Data, 9), slices.Grow(s.Opts.Sacks, 4)
 		data, sacks := s.Data[:cap(s.Data)], s.Opts.Sacks[:cap(s.Opts.Sacks)]
-		was, wasData, wasSacks := copied(s), slices.Clone(data), slices.Clone(sacks)
+		was, wasData, wasSacks := checks.CopiedSeg(s), slices.Clone(data), slices.Clone(sacks)
 		for _, c := range [][2]uint32{{s.Seq, 1 << 31}, {s.Seq + 1, 1 << 31}, {s.Seq + 2, 3}, {s.Seq - 2, 4}, {s.Seq, 0}} {
 			one, two := Trim(s, c[0], c[1]), Trim(s, c[0], c[1])
 			spoil(one)
-			if !alike(two, trimByWords(was, c[0], c[1])) || !alike(s, was) || !bytes.Equal(data, wasData) || !slices.Equal(sacks, wasSacks) {
+			if !checks.AlikeSegs(two, trimByWords(was, c[0], c[1])) || !checks.AlikeSegs(s, was) || !bytes.Equal(data, wasData) || !slices.Equal(sacks, wasSacks) {
 				t.Fatalf("%s: what is trimmed is not the caller's", brief(was))
 			}
 		}
@@ -135,7 +135,7 @@ func TestAnswersAreTheCallers(t *testing.T) {
 // R1, R7: beside an error there is nothing: of a segment that was read up to it, nothing is told.
 func TestNothingBesideErrors(t *testing.T) {
 	w := checks.SixWay()
-	for _, s := range []api.Seg{sized(0), sized(16384), choosing(options()[12], sized(30)), flagged(63, choosing(checks.Full(), sized(1)))} {
+	for _, s := range []api.Seg{checks.Sized(0), checks.Sized(16384), checks.Choosing(checks.Options()[12], checks.Sized(30)), checks.Flagged(63, checks.Choosing(checks.Full(), checks.Sized(1)))} {
 		good := laid(t, w, s)
 		size := int(good[12] >> 4 * 4)
 		for n := range size {

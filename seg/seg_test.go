@@ -6,7 +6,6 @@ import (
 	"fmt"
 	"math"
 	"math/rand"
-	"reflect"
 	"slices"
 	"testing"
 
@@ -17,119 +16,9 @@ import (
 	"downhaul/opts"
 )
 
-// ordinary is a segment that may be, with that data.
-func ordinary(data ...byte) api.Seg {
-	return api.Seg{Src: 43210, Dst: 22, Seq: 0x01020304, Ack: 0xA0B0C0D0, Flags: api.Psh | api.Ack, Window: 501, Data: data}
-}
-
-// sized is an ordinary segment with n bytes of data.
-func sized(n int) api.Seg { return ordinary(checks.Rising(n)...) }
-
-// flagged is a segment with flags.
-func flagged(flags uint8, s api.Seg) api.Seg {
-	return checks.With(s, func(s *api.Seg) { s.Flags = flags })
-}
-
 // at is a segment that begins at a number.
 func at(seq uint32, s api.Seg) api.Seg {
 	return checks.With(s, func(s *api.Seg) { s.Seq = seq })
-}
-
-// choosing is a segment with options.
-func choosing(o api.Opts, s api.Seg) api.Seg {
-	return checks.With(s, func(s *api.Seg) { s.Opts = o })
-}
-
-// options may be: of no bytes, of 4, of 8 and so on up to just 40.
-func options() []api.Opts {
-	k, none := checks.Kinds(), api.Opts{}
-	return []api.Opts{
-		none,
-		checks.With(none, k[0]),
-		checks.With(none, k[0], k[2]),
-		checks.With(none, k[3]),
-		checks.With(none, k[4]),
-		checks.With(none, k[0], k[4]),
-		checks.With(none, k[0], k[1], k[3], k[2], checks.Runs(0)),
-		checks.With(none, k[3], k[4]),
-		checks.With(none, k[0], k[3], k[4]),
-		checks.Full(),
-		checks.With(none, k[3], k[4], checks.Runs(1)),
-		checks.With(none, k[3], k[0], checks.Runs(3)),
-		checks.With(none, k[0], k[2], checks.Runs(4)),
-	}
-}
-
-// wrongOptions may not be, for one reason each.
-func wrongOptions() []api.Opts {
-	k, none := checks.Kinds(), api.Opts{}
-	out := []api.Opts{
-		{HasScale: true, Scale: 15},
-		{HasScale: true, Scale: 255},
-		checks.With(none, checks.Runs(5)),
-		checks.With(none, checks.Runs(100)),
-		checks.With(none, k[0], k[1], checks.Runs(4)), // 44 bytes
-		checks.With(none, k[3], k[4], checks.Runs(2)),
-	}
-	for _, stray := range checks.Strays() {
-		out = append(out, checks.With(none, stray), checks.With(checks.Full(), stray))
-	}
-	return out
-}
-
-// fields turn one field each to an end of it.
-func fields() []func(s *api.Seg) {
-	var out []func(s *api.Seg)
-	for _, n := range []uint16{0, 1, 255, 256, 1<<15 - 1, 1 << 15, math.MaxUint16} {
-		out = append(out,
-			func(s *api.Seg) { s.Src = n }, func(s *api.Seg) { s.Dst = n },
-			func(s *api.Seg) { s.Window = n }, func(s *api.Seg) { s.Urgent = n })
-	}
-	for _, n := range []uint32{0, 1, 1<<31 - 1, 1 << 31, math.MaxUint32} {
-		out = append(out, func(s *api.Seg) { s.Seq = n }, func(s *api.Seg) { s.Ack = n })
-	}
-	for n := range uint8(64) {
-		out = append(out, func(s *api.Seg) { s.Flags = n })
-	}
-	for _, o := range options() {
-		out = append(out, func(s *api.Seg) { s.Opts = o })
-	}
-	for _, n := range []int{0, 1, 2, 3, 535, 536, 16383, 16384} {
-		out = append(out, func(s *api.Seg) { s.Data = checks.Rising(n) })
-	}
-	return out
-}
-
-// edges are segments that may be: each field at its ends, alone and beside others.
-func edges() []api.Seg {
-	full := choosing(checks.Full(), sized(5))
-	full.Urgent = 9
-	out := []api.Seg{{}, full, {Data: []byte{}}}
-	for _, turn := range fields() {
-		out = append(out, checks.With(api.Seg{}, turn), checks.With(full, turn))
-	}
-	for _, o := range options() {
-		out = append(out, choosing(o, sized(16383)), choosing(o, sized(16384)))
-	}
-	all := func(n uint32) api.Seg {
-		return api.Seg{Src: uint16(n), Dst: uint16(n), Seq: n, Ack: n, Flags: uint8(n) & 63, Window: uint16(n), Urgent: uint16(n), Data: bytes.Repeat([]byte{byte(n)}, 16384)}
-	}
-	return append(out, all(0), all(math.MaxUint32), choosing(options()[12], all(math.MaxUint32)))
-}
-
-// wrongs are segments that may not be, each for one reason.
-func wrongs() []api.Seg {
-	var out []api.Seg
-	for _, o := range wrongOptions() {
-		out = append(out, choosing(o, api.Seg{}), choosing(o, sized(9)))
-	}
-	for flags := 64; flags < 256; flags++ {
-		out = append(out, flagged(uint8(flags), api.Seg{}), flagged(uint8(flags), choosing(checks.Full(), sized(9))))
-	}
-	for _, n := range []int{16385, 16386, 16388, 32768, 65495, 65535, 65536, 65537, 1<<16 + 16384, 1 << 20} {
-		out = append(out, api.Seg{Data: make([]byte, n)}, choosing(checks.Full(), sized(n)))
-	}
-	return out
 }
 
 // may tells by the chapter's words whether a segment may be.
@@ -143,18 +32,7 @@ func summed(w checks.Way, b []byte) []byte {
 }
 
 // spelt are the bytes of a segment by the chapter's words.
-func spelt(t *testing.T, w checks.Way, s api.Seg) []byte {
-	t.Helper()
-	o, e := opts.Lay(s.Opts)
-	if e != api.OK {
-		t.Fatal(e)
-	}
-	b := []byte{byte(s.Src >> 8), byte(s.Src), byte(s.Dst >> 8), byte(s.Dst)}
-	b = binary.BigEndian.AppendUint32(b, s.Seq)
-	b = binary.BigEndian.AppendUint32(b, s.Ack)
-	b = append(b, byte(16*(5+len(o)/4)), s.Flags, byte(s.Window>>8), byte(s.Window), 0, 0, byte(s.Urgent>>8), byte(s.Urgent))
-	return summed(w, slices.Concat(b, o, s.Data))
-}
+func spelt(w checks.Way, s api.Seg) []byte { return summed(w, checks.SegBytes(s)) }
 
 // laid are the bytes of a segment that must have some.
 func laid(t *testing.T, w checks.Way, s api.Seg) []byte {
@@ -166,19 +44,6 @@ func laid(t *testing.T, w checks.Way, s api.Seg) []byte {
 	return b
 }
 
-// alike tells whether segments are the same: no lists are the same as empty ones.
-func alike(a, b api.Seg) bool {
-	same := bytes.Equal(a.Data, b.Data) && slices.Equal(a.Opts.Sacks, b.Opts.Sacks)
-	a.Data, b.Data, a.Opts.Sacks, b.Opts.Sacks = nil, nil, nil, nil
-	return same && reflect.DeepEqual(a, b)
-}
-
-// copied is a segment whose lists are its own.
-func copied(s api.Seg) api.Seg {
-	s.Data, s.Opts.Sacks = slices.Clone(s.Data), slices.Clone(s.Opts.Sacks)
-	return s
-}
-
 // brief is a segment as a text, with no more of its lists than their beginnings.
 func brief(s api.Seg) string {
 	data, sacks := len(s.Data), len(s.Opts.Sacks)
@@ -186,27 +51,11 @@ func brief(s api.Seg) string {
 	return fmt.Sprintf("%+v (%d bytes, %d Sacks)", s, data, sacks)
 }
 
-// byChance is a segment by chance, that may be, with less than most bytes of data.
-func byChance(chance *rand.Rand, most int) api.Seg {
-	o := options()[chance.Intn(len(options()))]
-	if o.HasTime {
-		o.Val, o.Echo = chance.Uint32(), chance.Uint32()
-	}
-	if o.HasAO {
-		o.KeyID, o.NextID, o.MAC = uint8(chance.Intn(256)), uint8(chance.Intn(256)), [12]byte(checks.Bytes(chance.Intn, 12))
-	}
-	return api.Seg{
-		Src: uint16(chance.Uint32()), Dst: uint16(chance.Uint32()), Seq: chance.Uint32(), Ack: chance.Uint32(),
-		Flags: uint8(chance.Intn(64)), Window: uint16(chance.Uint32()), Urgent: uint16(chance.Uint32()),
-		Opts: o, Data: checks.Bytes(chance.Intn, chance.Intn(most)),
-	}
-}
-
 // tried are segments that may be: the edges, and n by chance.
 func tried(chance *rand.Rand, n int) []api.Seg {
-	list := edges()
+	list := checks.Segments()
 	for range n {
-		list = append(list, byChance(chance, 200))
+		list = append(list, checks.AnySeg(chance.Intn, 200))
 	}
 	return list
 }
@@ -226,9 +75,9 @@ func examples() []struct {
 	}{
 		{checks.Way{}, api.Seg{}, "00000000 00000000 00000000 50000000 afe50000"},
 		{short, syn, "04000050 00000005 00000000 5002ffff 978b0000"},
-		{short, choosing(api.Opts{HasMSS: true, MSS: 1460}, syn), "04000050 00000005 00000000 6002ffff 7fcf0000 020405b4"},
+		{short, checks.Choosing(api.Opts{HasMSS: true, MSS: 1460}, syn), "04000050 00000005 00000000 6002ffff 7fcf0000 020405b4"},
 		{short, api.Seg{Src: 65535, Dst: 65535, Seq: math.MaxUint32, Ack: math.MaxUint32, Flags: 63, Window: 65535, Urgent: 65535, Data: []byte{255}}, "ffffffff ffffffff ffffffff 503fffff 9ca1ffff ff"},
-		{checks.FromTo(addr.Four(192, 168, 1, 2), addr.Four(192, 168, 1, 3)), ordinary([]byte("hello")...), "a8ca0016 01020304 a0b0c0d0 501801f5 d8420000 68656c6c6f"},
+		{checks.FromTo(addr.Four(192, 168, 1, 2), addr.Four(192, 168, 1, 3)), checks.Ordinary([]byte("hello")...), "a8ca0016 01020304 a0b0c0d0 501801f5 d8420000 68656c6c6f"},
 		{
 			checks.FromTo(addr.Six(0x2001, 0xDB8, 0, 0, 0, 0, 0, 1), addr.Six(0xFE80, 0, 0, 0, 0, 0, 0, 2)),
 			api.Seg{Src: 49152, Dst: 443, Seq: 1<<31 - 1, Ack: 1 << 31, Flags: api.Fin | api.Ack, Window: 1, Urgent: 7, Opts: api.Opts{HasTime: true, Val: 0x01020304, Echo: 0xFFEEDDCC}, Data: []byte("data")},
@@ -256,7 +105,7 @@ func TestLay(t *testing.T) {
 			list = list[:2]
 		}
 		for _, w := range list {
-			if got, want := laid(t, w, s), spelt(t, w, s); !bytes.Equal(got, want) {
+			if got, want := laid(t, w, s), spelt(w, s); !bytes.Equal(got, want) {
 				t.Fatalf("%s is laid as %x, not %x", brief(s), got[:min(len(got), 80)], want[:min(len(want), 80)])
 			}
 		}
@@ -287,7 +136,7 @@ func TestMay(t *testing.T) {
 			t.Errorf("%s may not be", brief(s))
 		}
 	}
-	for _, s := range wrongs() {
+	for _, s := range checks.WrongSegments() {
 		if May(s) || may(s) {
 			t.Errorf("%s may be", brief(s))
 		}
@@ -299,49 +148,17 @@ func TestMay(t *testing.T) {
 	}
 }
 
-// differing are segments that differ from another one in one field alone, each once.
-func differing(s api.Seg) []api.Seg {
-	turns := []func(s *api.Seg){
-		func(s *api.Seg) { s.Src ^= 1 }, func(s *api.Seg) { s.Src ^= 1 << 15 },
-		func(s *api.Seg) { s.Dst ^= 1 }, func(s *api.Seg) { s.Dst ^= 1 << 15 },
-		func(s *api.Seg) { s.Seq ^= 1 }, func(s *api.Seg) { s.Seq ^= 1 << 31 },
-		func(s *api.Seg) { s.Ack ^= 1 }, func(s *api.Seg) { s.Ack ^= 1 << 31 },
-		func(s *api.Seg) { s.Window ^= 1 }, func(s *api.Seg) { s.Window ^= 1 << 15 },
-		func(s *api.Seg) { s.Urgent ^= 1 }, func(s *api.Seg) { s.Urgent ^= 1 << 15 },
-		func(s *api.Seg) { s.Data = append(slices.Clone(s.Data), 0) },
-		func(s *api.Seg) { s.Data = append([]byte{1}, s.Data...) },
-	}
-	for bit := range 8 {
-		turns = append(turns, func(s *api.Seg) { s.Flags ^= 1 << bit })
-	}
-	for _, o := range checks.Differing(s.Opts) {
-		turns = append(turns, func(s *api.Seg) { s.Opts = o })
-	}
-	for i := range min(len(s.Data), 300) {
-		turns = append(turns, func(s *api.Seg) { s.Data = slices.Clone(s.Data); s.Data[i] ^= 1 << (i % 8) })
-	}
-	if n := len(s.Data); n > 0 {
-		turns = append(turns, func(s *api.Seg) { s.Data = s.Data[:n-1] }, func(s *api.Seg) { s.Data = s.Data[1:] }, func(s *api.Seg) { s.Data = nil })
-		turns = append(turns, func(s *api.Seg) { s.Data = slices.Clone(s.Data); s.Data[n-1] ^= 128 })
-	}
-	var out []api.Seg
-	for _, turn := range turns {
-		out = append(out, checks.With(s, turn))
-	}
-	return out
-}
-
 // P13.1: the same are the same, and what differs in one field alone is not; also of what may not be.
 func TestSame(t *testing.T) {
-	list := append(tried(rand.New(rand.NewSource(134)), 50), wrongs()...)
+	list := append(tried(rand.New(rand.NewSource(134)), 50), checks.WrongSegments()...)
 	for _, s := range list {
 		if len(s.Opts.Sacks) > 5 || len(s.Data) > 70000 {
 			continue
 		}
-		if !Same(s, s) || !Same(s, copied(s)) || !Same(copied(s), s) {
+		if !Same(s, s) || !Same(s, checks.CopiedSeg(s)) || !Same(checks.CopiedSeg(s), s) {
 			t.Fatalf("%s is not the same as itself", brief(s))
 		}
-		for _, q := range differing(s) {
+		for _, q := range checks.DifferingSegs(s) {
 			if Same(s, q) || Same(q, s) {
 				t.Fatalf("%s and %s are the same", brief(s), brief(q))
 			}
@@ -357,10 +174,10 @@ func TestSame(t *testing.T) {
 
 // P13.1: each two of many.
 func TestSameOfEachTwo(t *testing.T) {
-	list := slices.Concat(differing(api.Seg{}), differing(choosing(checks.Full(), sized(9))))
+	list := slices.Concat(checks.DifferingSegs(api.Seg{}), checks.DifferingSegs(checks.Choosing(checks.Full(), checks.Sized(9))))
 	for _, a := range list {
 		for _, b := range list {
-			if Same(a, b) != alike(a, b) {
+			if Same(a, b) != checks.AlikeSegs(a, b) {
 				t.Fatalf("Same(%s; %s) = %t", brief(a), brief(b), Same(a, b))
 			}
 		}
@@ -369,7 +186,7 @@ func TestSameOfEachTwo(t *testing.T) {
 
 // R6: no lists, and lists of length 0, are the same to all calls.
 func TestNoLists(t *testing.T) {
-	for _, s := range []api.Seg{{}, ordinary(), choosing(checks.Full(), ordinary()), flagged(api.Syn|api.Fin, ordinary())} {
+	for _, s := range []api.Seg{{}, checks.Ordinary(), checks.Choosing(checks.Full(), checks.Ordinary()), checks.Flagged(api.Syn|api.Fin, checks.Ordinary())} {
 		empty, room := s, s
 		empty.Data, empty.Opts.Sacks = []byte{}, []api.Block{}
 		room.Data, room.Opts.Sacks = make([]byte, 9)[:0], make([]api.Block, 9)[:0]
@@ -377,11 +194,11 @@ func TestNoLists(t *testing.T) {
 			for _, b := range []api.Seg{s, empty, room} {
 				one, ok := Reset(a)
 				two, fine := Reset(b)
-				if !Same(a, b) || Len(a) != Len(b) || May(a) != May(b) || !bytes.Equal(laid(t, checks.SixWay(), a), laid(t, checks.SixWay(), b)) || !alike(one, two) || ok != fine {
+				if !Same(a, b) || Len(a) != Len(b) || May(a) != May(b) || !bytes.Equal(laid(t, checks.SixWay(), a), laid(t, checks.SixWay(), b)) || !checks.AlikeSegs(one, two) || ok != fine {
 					t.Errorf("%s: no lists are not the same as empty ones", brief(s))
 				}
 				for begin := s.Seq - 3; begin != s.Seq+3; begin++ {
-					if !alike(Trim(a, begin, 2), Trim(b, begin, 2)) {
+					if !checks.AlikeSegs(Trim(a, begin, 2), Trim(b, begin, 2)) {
 						t.Errorf("%s: no lists are not trimmed as empty ones", brief(s))
 					}
 				}
@@ -393,7 +210,7 @@ func TestNoLists(t *testing.T) {
 // P13.1: how many numbers it has: those of its data, and one each for Syn and Fin, whatever else there is.
 func TestLen(t *testing.T) {
 	for _, n := range []int{0, 1, 2, 100, 1460, 16383, 16384, 16385, 65535, 65536, 1<<16 + 1, 1 << 24} {
-		s := choosing(checks.Full(), api.Seg{Seq: math.MaxUint32, Ack: 99, Urgent: 7, Data: make([]byte, n)})
+		s := checks.Choosing(checks.Full(), api.Seg{Seq: math.MaxUint32, Ack: 99, Urgent: 7, Data: make([]byte, n)})
 		for flags := range 256 {
 			want := uint32(n)
 			if flags%4/2 == 1 {
@@ -402,7 +219,7 @@ func TestLen(t *testing.T) {
 			if flags%2 == 1 {
 				want++
 			}
-			if got := Len(flagged(uint8(flags), s)); got != want {
+			if got := Len(checks.Flagged(uint8(flags), s)); got != want {
 				t.Fatalf("%d bytes, flags %d: %d, not %d", n, flags, got, want)
 			}
 		}
@@ -417,7 +234,7 @@ func TestHas(t *testing.T) {
 			for bit := range 8 {
 				want = want && (asked>>bit%2 == 0 || own>>bit%2 == 1)
 			}
-			if got := Has(flagged(uint8(own), sized(3)), uint8(asked)); got != want {
+			if got := Has(checks.Flagged(uint8(own), checks.Sized(3)), uint8(asked)); got != want {
 				t.Fatalf("flags %d, asked for %d: %t", own, asked, got)
 			}
 		}

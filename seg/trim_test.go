@@ -72,13 +72,13 @@ func trimByWords(s api.Seg, begin, size uint32) api.Seg {
 func trimmed(t *testing.T, s api.Seg, begin, size uint32) api.Seg {
 	t.Helper()
 	got := Trim(s, begin, size)
-	if want := trimByWords(s, begin, size); !alike(got, want) {
+	if want := trimByWords(s, begin, size); !checks.AlikeSegs(got, want) {
 		t.Fatalf("Trim(%s, %d, %d) = %s, not %s", brief(s), begin, size, brief(got), brief(want))
 	}
 	if cap(got.Data) != len(got.Data) {
 		t.Fatalf("Trim(%s, %d, %d) has room for %d behind its %d bytes", brief(s), begin, size, cap(got.Data), len(got.Data))
 	}
-	if again := Trim(got, begin, size); !alike(again, got) {
+	if again := Trim(got, begin, size); !checks.AlikeSegs(again, got) {
 		t.Fatalf("Trim(%s, %d, %d): first %s, then %s", brief(s), begin, size, brief(got), brief(again))
 	}
 	return got
@@ -173,7 +173,7 @@ func TestTrim(t *testing.T) {
 		s.Opts = checks.Full()
 		want := s
 		want.Seq, want.Flags, want.Data = c.seq, c.kept|api.Psh|api.Ack|api.Urg, []byte(c.left)
-		if got := trimmed(t, s, c.begin, c.size); !alike(got, want) {
+		if got := trimmed(t, s, c.begin, c.size); !checks.AlikeSegs(got, want) {
 			t.Errorf("Trim(%s, %d, %d) = %s, not %s", brief(s), c.begin, c.size, brief(got), brief(want))
 		}
 	}
@@ -214,7 +214,7 @@ func within(t *testing.T, s api.Seg, begin, size uint32) {
 		}
 	}
 	rest := func(s api.Seg) api.Seg { return marked(at(0, s), nil) }
-	if !alike(rest(got), rest(s)) {
+	if !checks.AlikeSegs(rest(got), rest(s)) {
 		t.Fatalf("Trim(%s, %d, %d) = %s: more than its numbers is turned", brief(s), begin, size, brief(got))
 	}
 }
@@ -261,7 +261,7 @@ func TestTrimLongOnes(t *testing.T) {
 // P13.4, P13.7: segments by chance, with windows that they reach into, and ones far away; also such that may not be.
 func TestTrimByChance(t *testing.T) {
 	chance := rand.New(rand.NewSource(140))
-	list := slices.Concat(tried(chance, 3000), wrongs())
+	list := slices.Concat(tried(chance, 3000), checks.WrongSegments())
 	list = slices.DeleteFunc(list, func(s api.Seg) bool { return len(s.Data) > 500 })
 	cut := map[bool]int{}
 	for range 100000 {
@@ -281,7 +281,7 @@ func TestTrimByChance(t *testing.T) {
 			begin, size = chance.Uint32(), chance.Uint32()
 		}
 		within(t, s, begin, size)
-		cut[alike(Trim(s, begin, size), s)]++
+		cut[checks.AlikeSegs(Trim(s, begin, size), s)]++
 	}
 	if cut[true] < 10000 || cut[false] < 10000 {
 		t.Error(cut)
@@ -292,12 +292,12 @@ func TestTrimByChance(t *testing.T) {
 func TestTrimTwice(t *testing.T) {
 	chance := rand.New(rand.NewSource(141))
 	for range 50000 {
-		s := byChance(chance, 30)
+		s := checks.AnySeg(chance.Intn, 30)
 		begin, size := s.Seq+uint32(chance.Intn(60)-30), uint32(chance.Intn(60))
 		from := uint32(chance.Intn(int(size) + 1))
 		less := uint32(chance.Intn(int(size-from) + 1))
 		one, two := Trim(s, begin+from, less), Trim(Trim(s, begin, size), begin+from, less)
-		if Len(one) != 0 && !alike(one, two) || Len(two) != Len(one) {
+		if Len(one) != 0 && !checks.AlikeSegs(one, two) || Len(two) != Len(one) {
 			t.Fatalf("%s, to %d, %d, then to %d, %d: %s, not %s", brief(s), begin, size, begin+from, less, brief(two), brief(one))
 		}
 	}
